@@ -5,6 +5,7 @@ import (
 	"testing"
 
 	"penumbra/cx"
+	"penumbra/sample"
 )
 
 // P1.1: the chapter's examples.
@@ -39,7 +40,7 @@ func TestSame(t *testing.T) {
 			t.Errorf("Same(%v, itself)", a)
 		}
 		b := all[(i*31+7)%len(all)]
-		if cx.Same(a, b) != agree(a, b) || cx.Same(b, a) != agree(a, b) {
+		if cx.Same(a, b) != sample.Agree(a, b) || cx.Same(b, a) != sample.Agree(a, b) {
 			t.Errorf("Same(%v, %v)", a, b)
 		}
 	}
@@ -79,10 +80,10 @@ func TestPlain(t *testing.T) {
 func TestAddSub(t *testing.T) {
 	for _, a := range numbers() {
 		for _, b := range some() {
-			if want := complex(plus(real(a), real(b)), plus(imag(a), imag(b))); !agree(cx.Add(a, b), want) {
+			if want := complex(plus(real(a), real(b)), plus(imag(a), imag(b))); !sample.Agree(cx.Add(a, b), want) {
 				t.Errorf("Add(%v, %v): %v, not %v", a, b, cx.Add(a, b), want)
 			}
-			if want := complex(less(real(a), real(b)), less(imag(a), imag(b))); !agree(cx.Sub(a, b), want) {
+			if want := complex(less(real(a), real(b)), less(imag(a), imag(b))); !sample.Agree(cx.Sub(a, b), want) {
 				t.Errorf("Sub(%v, %v): %v, not %v", a, b, cx.Sub(a, b), want)
 			}
 		}
@@ -97,7 +98,7 @@ func stepwise(a, b complex128) complex128 {
 
 func TestMul(t *testing.T) {
 	check := func(a, b complex128) {
-		if want := stepwise(a, b); !agree(cx.Mul(a, b), want) {
+		if want := stepwise(a, b); !sample.Agree(cx.Mul(a, b), want) {
 			t.Errorf("Mul(%v, %v): %v, not %v", a, b, cx.Mul(a, b), want)
 		}
 	}
@@ -106,7 +107,7 @@ func TestMul(t *testing.T) {
 			check(a, b)
 		}
 	}
-	d := dice(1)
+	d := dice{1}
 	for range 2000 {
 		check(d.near(), d.near())
 		check(d.number(), d.number())
@@ -162,7 +163,7 @@ func TestScale(t *testing.T) {
 	for _, a := range numbers() {
 		for _, k := range powers() {
 			near := max(-2200, min(2200, k))
-			if want := complex(lifted(real(a), near), lifted(imag(a), near)); !agree(cx.Scale(a, k), want) {
+			if want := complex(lifted(real(a), near), lifted(imag(a), near)); !sample.Agree(cx.Scale(a, k), want) {
 				t.Errorf("Scale(%v, %d): %v, not %v", a, k, cx.Scale(a, k), want)
 			}
 		}
@@ -201,11 +202,11 @@ func TestSizeFar(t *testing.T) {
 			b := bits(a)
 			want = math.Float64frombits(max(b.p<<1, b.q<<1) >> 1)
 		}
-		if !agreePart(cx.Size(a), want) {
+		if !sample.AgreePart(cx.Size(a), want) {
 			t.Errorf("Size(%v): %v, not %v", a, cx.Size(a), want)
 		}
 		for _, b := range some() {
-			if want := cx.Size(complex(less(p, real(b)), less(q, imag(b)))); !agreePart(cx.Far(a, b), want) {
+			if want := cx.Size(complex(less(p, real(b)), less(q, imag(b)))); !sample.AgreePart(cx.Far(a, b), want) {
 				t.Errorf("Far(%v, %v): %v, not %v", a, b, cx.Far(a, b), want)
 			}
 		}
@@ -247,7 +248,7 @@ func TestNarrow(t *testing.T) {
 	for _, a := range numbers() {
 		n, ok := cx.Narrow(a)
 		p, q := float64(float32(real(a))), float64(float32(imag(a)))
-		if !agree(complex(float64(real(n)), float64(imag(n))), complex(p, q)) {
+		if !sample.Agree(complex(float64(real(n)), float64(imag(n))), complex(p, q)) {
 			t.Errorf("Narrow(%v): %v", a, n)
 		}
 		if want := a == a && bits(complex(p, q)) == bits(a); ok != want {
@@ -261,7 +262,7 @@ func TestNarrow(t *testing.T) {
 		}
 	}
 	for _, a := range []complex128{0.1, 0.1i, 0x1p-150, 0x1p128, complex(0, 1<<24+1), complex(1, math.NaN()), complex(math.NaN(), 1), complex(1+0x1p-24, 0)} {
-		if n, ok := cx.Narrow(a); ok || !agree(complex128(n), complex128(complex64(a))) {
+		if n, ok := cx.Narrow(a); ok || !sample.Agree(complex128(n), complex128(complex64(a))) {
 			t.Errorf("Narrow(%v): %v, %v", a, n, ok)
 		}
 	}

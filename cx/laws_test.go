@@ -5,6 +5,7 @@ import (
 	"testing"
 
 	"penumbra/cx"
+	"penumbra/sample"
 )
 
 // P1.2: turns and conjugates.
@@ -30,18 +31,18 @@ func TestTurnsThroughOthers(t *testing.T) {
 	check := func(a, b complex128) {
 		for k := -1; k < 4; k++ {
 			want := unsigned(cx.Turn(cx.Mul(a, b), k))
-			if !agree(unsigned(cx.Mul(cx.Turn(a, k), b)), want) || !agree(unsigned(cx.Mul(a, cx.Turn(b, k))), want) {
+			if !sample.Agree(unsigned(cx.Mul(cx.Turn(a, k), b)), want) || !sample.Agree(unsigned(cx.Mul(a, cx.Turn(b, k))), want) {
 				t.Errorf("a turned factor: %v, %v, %d", a, b, k)
 			}
 		}
 		ca, cb := cx.Conj(a), cx.Conj(b)
-		if !agree(unsigned(cx.Conj(cx.Add(a, b))), unsigned(cx.Add(ca, cb))) {
+		if !sample.Agree(unsigned(cx.Conj(cx.Add(a, b))), unsigned(cx.Add(ca, cb))) {
 			t.Errorf("Conj through Add: %v, %v", a, b)
 		}
-		if !agree(unsigned(cx.Conj(cx.Sub(a, b))), unsigned(cx.Sub(ca, cb))) {
+		if !sample.Agree(unsigned(cx.Conj(cx.Sub(a, b))), unsigned(cx.Sub(ca, cb))) {
 			t.Errorf("Conj through Sub: %v, %v", a, b)
 		}
-		if !agree(unsigned(cx.Conj(cx.Mul(a, b))), unsigned(cx.Mul(ca, cb))) {
+		if !sample.Agree(unsigned(cx.Conj(cx.Mul(a, b))), unsigned(cx.Mul(ca, cb))) {
 			t.Errorf("Conj through Mul: %v, %v", a, b)
 		}
 	}
@@ -50,7 +51,7 @@ func TestTurnsThroughOthers(t *testing.T) {
 			check(a, b)
 		}
 	}
-	d := dice(2)
+	d := dice{2}
 	for range 2000 {
 		check(d.near(), d.near())
 		check(d.number(), d.number())
@@ -68,7 +69,7 @@ func wholes() []complex128 {
 			out = append(out, complex(p, q))
 		}
 	}
-	d := dice(3)
+	d := dice{3}
 	for range 40 {
 		out = append(out, d.whole(ringMost))
 	}
@@ -123,7 +124,7 @@ func TestRingLaws(t *testing.T) {
 		}
 	}
 	// Of three factors the product of two must stay within the promise's parts, so these are smaller.
-	d := dice(4)
+	d := dice{4}
 	for range 5000 {
 		a, b, c := d.whole(1<<11), d.whole(1<<11), d.whole(1<<11)
 		if !same(cx.Add(cx.Add(a, b), c), cx.Add(a, cx.Add(b, c))) || !same(cx.Mul(cx.Mul(a, b), c), cx.Mul(a, cx.Mul(b, c))) {

@@ -17,13 +17,13 @@ func all(a, b complex128, k int, s string) string {
 
 // P1, rules 1, 5 and 6: at any bits and any int every call ends without a panic, and answers the same again.
 func TestAnyArguments(t *testing.T) {
-	d := dice(6)
+	d := dice{6}
 	ints := append(powers(), math.MinInt32, math.MaxInt32)
 	for i := range 3000 {
-		a, b, k := d.number(), d.number(), int(d.word())
-		text := make([]byte, d.word()%40)
+		a, b, k := d.number(), d.number(), int(d.Word())
+		text := make([]byte, d.Word()%40)
 		for j := range text {
-			text[j] = byte(d.word())
+			text[j] = byte(d.Word())
 		}
 		s := string(text)
 		if i%2 == 0 {

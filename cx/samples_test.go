@@ -3,9 +3,11 @@ package cx_test
 import (
 	"math"
 	"math/big"
+
+	"penumbra/sample"
 )
 
-var minus = math.Copysign(0, -1)
+var minus = sample.MinusNought()
 
 // parts: ordinary ones, and every edge that the chapter names.
 func parts() []float64 {
@@ -54,15 +56,6 @@ type pair struct{ p, q uint64 }
 
 func bits(a complex128) pair {
 	return pair{math.Float64bits(real(a)), math.Float64bits(imag(a))}
-}
-
-// agree: the same bits in each part, where a NaN came out any NaN.
-func agree(a, b complex128) bool {
-	return agreePart(real(a), real(b)) && agreePart(imag(a), imag(b))
-}
-
-func agreePart(x, y float64) bool {
-	return math.Float64bits(x) == math.Float64bits(y) || x != x && y != y
 }
 
 // unsigned: noughts lose their sign, for the laws that hold but for it.
@@ -116,30 +109,17 @@ func lifted(x float64, k int) float64 {
 	return out
 }
 
-// A dice gives bits in a fixed order, so that a failure comes again.
-type dice uint64
-
-func (d *dice) word() uint64 {
-	*d += 0x9e3779b97f4a7c15
-	z := uint64(*d)
-	z = (z ^ z>>30) * 0xbf58476d1ce4e5b9
-	z = (z ^ z>>27) * 0x94d049bb133111eb
-	return z ^ z>>31
-}
+// A dice is the tests' common one, giving both parts of a number at once.
+type dice struct{ sample.Dice }
 
 // number: any bits at all.
-func (d *dice) number() complex128 {
-	return complex(math.Float64frombits(d.word()), math.Float64frombits(d.word()))
-}
+func (d *dice) number() complex128 { return complex(d.AnyBits(), d.AnyBits()) }
 
 // near: parts between 1 and 2 either way, whose products and sums are nearly always rounded.
-func (d *dice) near() complex128 {
-	part := func() float64 { return math.Float64frombits(d.word()&(1<<63|1<<52-1) | 1023<<52) }
-	return complex(part(), part())
-}
+func (d *dice) near() complex128 { return complex(d.Near(), d.Near()) }
 
 // whole: parts from -most to most.
 func (d *dice) whole(most int64) complex128 {
-	part := func() float64 { return float64(int64(d.word()%uint64(2*most+1)) - most) }
+	part := func() float64 { return float64(int64(d.Word()%uint64(2*most+1)) - most) }
 	return complex(part(), part())
 }

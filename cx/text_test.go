@@ -48,7 +48,7 @@ func TestTextAndRead(t *testing.T) {
 	for _, a := range numbers() {
 		check(a)
 	}
-	d := dice(5)
+	d := dice{5}
 	for range 5000 {
 		check(d.number())
 	}

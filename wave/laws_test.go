@@ -5,6 +5,7 @@ import (
 
 	"penumbra/api"
 	"penumbra/cx"
+	"penumbra/sample"
 	"penumbra/wave"
 )
 
@@ -46,21 +47,6 @@ func numbers(t *testing.T, what string, got, want []complex128) {
 	}
 }
 
-// finite: lists of parts of at most 2^400, the greatest size itself among them.
-func finite(n int) [][]complex128 {
-	d := dice(n + 2)
-	out := wholes(n)
-	for _, part := range []func() float64{d.near, d.between(-1074, 400), d.between(-20, 20), d.between(390, 400), d.tiny, d.sign} {
-		out = append(out, d.list(n, part))
-	}
-	greatest := func() float64 { return float64(int(d.word()%3)-1) * 0x1p400 }
-	most := make([]complex128, n)
-	for j := range most {
-		most[j] = complex(0x1p400, -0x1p400)
-	}
-	return append(out, d.list(n, greatest), most)
-}
-
 var both = []struct {
 	name string
 	f    call
@@ -69,7 +55,7 @@ var both = []struct {
 // P3.2: a turned list has its transform turned, whatever the power of i.
 func TestTurned(t *testing.T) {
 	for _, n := range lengths() {
-		for _, x := range finite(n) {
+		for _, x := range sample.Finite(n) {
 			for _, way := range both {
 				y := of(t, way.f, x)
 				for k := 1; k <= 3; k++ {
@@ -84,7 +70,7 @@ func TestTurned(t *testing.T) {
 // P3.2: the conjugates have the conjugates of the transform, read backwards.
 func TestConjugates(t *testing.T) {
 	for _, n := range lengths() {
-		for _, x := range finite(n) {
+		for _, x := range sample.Finite(n) {
 			for _, way := range both {
 				want := each(backwards(of(t, way.f, x)), cx.Conj)
 				numbers(t, way.name+" of the conjugates", of(t, way.f, each(x, cx.Conj)), want)
@@ -97,17 +83,17 @@ func TestConjugates(t *testing.T) {
 func TestDoubled(t *testing.T) {
 	double := func(a complex128) complex128 { return complex(2*real(a), 2*imag(a)) }
 	for n := 1; n <= 64; n *= 2 {
-		d := dice(n + 3)
+		d := sample.Dice(n + 3)
 		var all [][]complex128
 		for range 40 {
-			all = append(all, d.list(n, d.between(-200, 400)), d.list(n, d.between(-200, -190)), d.list(n, d.between(-200, -100)))
+			all = append(all, d.List(n, d.Between(-200, 400)), d.List(n, d.Between(-200, -190)), d.List(n, d.Between(-200, -100)))
 		}
 		most := make([]complex128, n)
 		least := make([]complex128, n)
 		for j := range most {
 			most[j], least[j] = complex(0x1p400, -0x1p400), complex(-0x1p-200, 0x1p-200)
 		}
-		for _, x := range append(append(all, wholes(n)...), most, least) {
+		for _, x := range append(append(all, sample.Wholes(n)...), most, least) {
 			for _, way := range both {
 				numbers(t, way.name+" of the doubled", of(t, way.f, each(x, double)), each(of(t, way.f, x), double))
 			}
@@ -118,7 +104,7 @@ func TestDoubled(t *testing.T) {
 // P3.3: whole numbers come back, and nearly by themselves.
 func TestThereAndBack(t *testing.T) {
 	for _, n := range lengths() {
-		for _, x := range wholes(n) {
+		for _, x := range sample.Wholes(n) {
 			z := of(t, wave.Back, of(t, wave.Forward, x))
 			for j := range x {
 				if far := cx.Far(z[j], x[j]); !(far < 0x1p-8) {
@@ -133,7 +119,7 @@ func TestThereAndBack(t *testing.T) {
 // P3.3: the butterflies and the definition agree.
 func TestForwardAndDirect(t *testing.T) {
 	for n := 1; n <= api.MaxDirect; n *= 2 {
-		for _, x := range wholes(n) {
+		for _, x := range sample.Wholes(n) {
 			y, z := of(t, wave.Forward, x), of(t, wave.Direct, x)
 			for k := range y {
 				if far := cx.Far(y[k], z[k]); !(far <= 0x1p-8) {
@@ -147,7 +133,7 @@ func TestForwardAndDirect(t *testing.T) {
 // P3.4: at place 0 stands the very sum, worked out in whole numbers.
 func TestFirstIsTheSum(t *testing.T) {
 	for _, n := range lengths() {
-		for _, x := range wholes(n) {
+		for _, x := range sample.Wholes(n) {
 			var p, q int64
 			for _, a := range x {
 				p += int64(real(a))
@@ -162,10 +148,10 @@ func TestFirstIsTheSum(t *testing.T) {
 
 // P3.4: what is 0 but at place 0 has that number at all places.
 func TestOneAtTheFirst(t *testing.T) {
-	d := dice(5)
+	d := sample.Dice(5)
 	for _, n := range lengths() {
 		firsts := []complex128{0, 1, 1i, complex(-api.MaxPart, api.MaxPart), complex(api.MaxPart, 0), 0.1 + 0.7i, complex(minus, 0x1p400)}
-		for _, first := range append(firsts, d.list(5, d.whole)...) {
+		for _, first := range append(firsts, d.List(5, d.Whole)...) {
 			x, want := make([]complex128, n), make([]complex128, n)
 			x[0] = first
 			for k := range want {

@@ -6,6 +6,7 @@ import (
 	"testing"
 
 	"penumbra/api"
+	"penumbra/sample"
 	"penumbra/wave"
 )
 
@@ -15,21 +16,15 @@ func calls() map[string]call {
 	return map[string]call{"Forward": wave.Forward, "Back": wave.Back, "Direct": wave.Direct, "Whole": whole}
 }
 
-// spare: the list with room behind it that holds something, and the whole of that memory.
-func spare(x []complex128) (list, all []complex128) {
-	all = append(slices.Clone(x), 1+2i, complex(minus, math.NaN()), 3, 4, 5)
-	return all[:len(x)], all
-}
-
 // P3.5: what is handed in is not changed, its spare room neither, whatever is answered.
 func TestNotChanged(t *testing.T) {
 	for name, f := range calls() {
 		for _, n := range append(lengths(), 0, 3, 7, 8192) {
-			for i, x := range lists(max(n, 1)) {
-				list, all := spare(x[:n])
-				before := bits(all)
+			for i, x := range sample.Lists(max(n, 1)) {
+				list, all := sample.Spare(x[:n])
+				before := sample.Bits(all)
 				f(list)
-				if !slices.Equal(bits(all), before) {
+				if !slices.Equal(sample.Bits(all), before) {
 					t.Fatalf("%s changed what it was handed: %d numbers, list %d", name, n, i)
 				}
 			}
@@ -41,27 +36,27 @@ func TestNotChanged(t *testing.T) {
 func TestAnswersAreNew(t *testing.T) {
 	for name, f := range calls() {
 		for _, n := range lengths() {
-			d := dice(n)
-			list, all := spare(d.list(n, d.near))
-			before := bits(all)
+			d := sample.Dice(n)
+			list, all := sample.Spare(d.List(n, d.Near))
+			before := sample.Bits(all)
 			first, e := f(list)
 			other, _ := f(list)
-			want := bits(first)
+			want := sample.Bits(first)
 			first = first[:cap(first)]
 			for k := range first {
 				first[k] = complex(math.NaN(), 7)
 			}
 			again, e2 := f(list)
-			if e != e2 || !slices.Equal(bits(other), want) || !slices.Equal(bits(again), want) {
+			if e != e2 || !slices.Equal(sample.Bits(other), want) || !slices.Equal(sample.Bits(again), want) {
 				t.Fatalf("%s of %d numbers: an answer shows in another one", name, n)
 			}
-			if !slices.Equal(bits(all), before) {
+			if !slices.Equal(sample.Bits(all), before) {
 				t.Fatalf("%s of %d numbers: the answer shares memory with the argument", name, n)
 			}
 			for j := range all { // and the other way about: writing over the argument shows in no answer
 				all[j] = complex(7, math.NaN())
 			}
-			if !slices.Equal(bits(other), want) {
+			if !slices.Equal(sample.Bits(other), want) {
 				t.Fatalf("%s of %d numbers: the argument shows in the answer", name, n)
 			}
 		}
@@ -70,8 +65,8 @@ func TestAnswersAreNew(t *testing.T) {
 
 // P1, rule 5: calls at the same time do not show in each other's answers.
 func TestAtTheSameTime(t *testing.T) {
-	d := dice(6)
-	x := d.list(256, d.near)
+	d := sample.Dice(6)
+	x := d.List(256, d.Near)
 	for name, f := range calls() {
 		want, _ := f(x)
 		answers := make(chan []complex128)
@@ -82,7 +77,7 @@ func TestAtTheSameTime(t *testing.T) {
 			}()
 		}
 		for range 8 {
-			if !slices.Equal(bits(<-answers), bits(want)) {
+			if !slices.Equal(sample.Bits(<-answers), sample.Bits(want)) {
 				t.Errorf("%s answers otherwise beside itself", name)
 			}
 		}

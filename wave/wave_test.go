@@ -6,6 +6,7 @@ import (
 
 	"penumbra/api"
 	"penumbra/cx"
+	"penumbra/sample"
 	"penumbra/wave"
 )
 
@@ -18,7 +19,7 @@ func check(t *testing.T, name string, got []complex128, e api.Errno, want []comp
 		t.Fatalf("%s of %d numbers: %d of them, error %d", name, len(want), len(got), e)
 	}
 	for k := range want {
-		if !agree(got[k], want[k]) {
+		if !sample.Agree(got[k], want[k]) {
 			t.Fatalf("%s of %d numbers, at %d: %s, not %s", name, len(want), k, cx.Text(got[k]), cx.Text(want[k]))
 		}
 	}
@@ -27,7 +28,7 @@ func check(t *testing.T, name string, got []complex128, e api.Errno, want []comp
 // P3.1: the transform and the way back by the rule of halves, at every length, at all kinds of numbers.
 func TestByTheirRules(t *testing.T) {
 	for _, n := range lengths() {
-		for _, x := range append(lists(n), wholes(n)...) {
+		for _, x := range append(sample.Lists(n), sample.Wholes(n)...) {
 			y, e := wave.Forward(x)
 			check(t, "Forward", y, e, forward(x))
 			z, e := wave.Back(x)
@@ -42,7 +43,7 @@ func TestDirect(t *testing.T) {
 		if n > api.MaxDirect {
 			continue
 		}
-		for _, x := range append(lists(n), wholes(n)[:5]...) {
+		for _, x := range append(sample.Lists(n), sample.Wholes(n)[:5]...) {
 			y, e := wave.Direct(x)
 			check(t, "Direct", y, e, direct(x))
 		}
@@ -184,10 +185,10 @@ func TestWholeEdges(t *testing.T) {
 
 // P3.1: Whole of any list, of any length.
 func TestWholeOfAny(t *testing.T) {
-	d := dice(3)
+	d := sample.Dice(3)
 	for _, n := range append(lengths(), wrong()...) {
-		for _, part := range []func() float64{d.anyBits, d.edge, d.between(-3, 60)} {
-			y := d.list(n, part)
+		for _, part := range []func() float64{d.AnyBits, d.Edge, d.Between(-3, 60)} {
+			y := d.List(n, part)
 			want := make([]complex128, n)
 			for k, a := range y {
 				want[k] = complex(wholePart(real(a)), wholePart(imag(a)))
@@ -200,10 +201,10 @@ func TestWholeOfAny(t *testing.T) {
 
 // P3.1 and P1, rules 1 to 3: what is no length has ErrLen and nothing beside it, ahead of ErrLong.
 func TestWrongLengths(t *testing.T) {
-	d := dice(4)
+	d := sample.Dice(4)
 	for name, f := range map[string]call{"Forward": wave.Forward, "Back": wave.Back, "Direct": wave.Direct} {
 		for _, n := range wrong() {
-			if y, e := f(d.list(n, d.anyBits)); e != api.ErrLen || len(y) != 0 {
+			if y, e := f(d.List(n, d.AnyBits)); e != api.ErrLen || len(y) != 0 {
 				t.Errorf("%s of %d numbers: %d of them, error %d", name, n, len(y), e)
 			}
 		}

@@ -1,0 +1,29 @@
+package sample
+
+import "math"
+
+// Agree: the same bits in each part, where a NaN came out any NaN.
+func Agree(a, b complex128) bool {
+	return AgreePart(real(a), real(b)) && AgreePart(imag(a), imag(b))
+}
+
+// AgreePart: likewise of one part.
+func AgreePart(x, y float64) bool {
+	return math.Float64bits(x) == math.Float64bits(y) || x != x && y != y
+}
+
+// Bits: of every part, to hold lists against each other with their NaNs.
+func Bits(x []complex128) []uint64 {
+	var out []uint64
+	for _, a := range x {
+		out = append(out, math.Float64bits(real(a)), math.Float64bits(imag(a)))
+	}
+	return out
+}
+
+// Spare: the list with room behind it that holds something, and the whole of that memory.
+func Spare(x []complex128) (list, all []complex128) {
+	all = append(all, x...)
+	all = append(all, 1+2i, complex(MinusNought(), math.NaN()), 3, 4, 5)
+	return all[:len(x)], all
+}
