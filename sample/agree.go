@@ -20,10 +20,3 @@ func Bits(x []complex128) []uint64 {
 	}
 	return out
 }
-
-// Spare: the list with room behind it that holds something, and the whole of that memory.
-func Spare(x []complex128) (list, all []complex128) {
-	all = append(all, x...)
-	all = append(all, 1+2i, complex(MinusNought(), math.NaN()), 3, 4, 5)
-	return all[:len(x)], all
-}

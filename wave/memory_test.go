@@ -1,8 +1,6 @@
 package wave_test
 
 import (
-	"math"
-	"slices"
 	"testing"
 
 	"penumbra/api"
@@ -21,10 +19,7 @@ func TestNotChanged(t *testing.T) {
 	for name, f := range calls() {
 		for _, n := range append(lengths(), 0, 3, 7, 8192) {
 			for i, x := range sample.Lists(max(n, 1)) {
-				list, all := sample.Spare(x[:n])
-				before := sample.Bits(all)
-				f(list)
-				if !slices.Equal(sample.Bits(all), before) {
+				if sample.Changed(x[:n], func(list []complex128) { f(list) }) {
 					t.Fatalf("%s changed what it was handed: %d numbers, list %d", name, n, i)
 				}
 			}
@@ -32,32 +27,17 @@ func TestNotChanged(t *testing.T) {
 	}
 }
 
-// P3.5: an answer is new memory: writing all over it shows neither in the argument nor in another answer, and the next call answers the same.
+// P3.5: an answer is new memory, shared with no argument and no other answer.
 func TestAnswersAreNew(t *testing.T) {
 	for name, f := range calls() {
 		for _, n := range lengths() {
 			d := sample.Dice(n)
-			list, all := sample.Spare(d.List(n, d.Near))
-			before := sample.Bits(all)
-			first, e := f(list)
-			other, _ := f(list)
-			want := sample.Bits(first)
-			first = first[:cap(first)]
-			for k := range first {
-				first[k] = complex(math.NaN(), 7)
-			}
-			again, e2 := f(list)
-			if e != e2 || !slices.Equal(sample.Bits(other), want) || !slices.Equal(sample.Bits(again), want) {
-				t.Fatalf("%s of %d numbers: an answer shows in another one", name, n)
-			}
-			if !slices.Equal(sample.Bits(all), before) {
-				t.Fatalf("%s of %d numbers: the answer shares memory with the argument", name, n)
-			}
-			for j := range all { // and the other way about: writing over the argument shows in no answer
-				all[j] = complex(7, math.NaN())
-			}
-			if !slices.Equal(sample.Bits(other), want) {
-				t.Fatalf("%s of %d numbers: the argument shows in the answer", name, n)
+			with := sample.Shared(d.List(n, d.Near), func(list []complex128) []complex128 {
+				y, _ := f(list)
+				return y
+			})
+			if with != "" {
+				t.Errorf("%s of %d numbers: the answer shares memory with %s", name, n, with)
 			}
 		}
 	}
@@ -68,18 +48,12 @@ func TestAtTheSameTime(t *testing.T) {
 	d := sample.Dice(6)
 	x := d.List(256, d.Near)
 	for name, f := range calls() {
-		want, _ := f(x)
-		answers := make(chan []complex128)
-		for range 8 {
-			go func() {
-				y, _ := f(x)
-				answers <- y
-			}()
-		}
-		for range 8 {
-			if !slices.Equal(sample.Bits(<-answers), sample.Bits(want)) {
-				t.Errorf("%s answers otherwise beside itself", name)
-			}
+		alone := sample.Alone(func() []complex128 {
+			y, _ := f(x)
+			return y
+		})
+		if !alone {
+			t.Errorf("%s answers otherwise beside itself", name)
 		}
 	}
 }
