@@ -7,6 +7,7 @@ import (
 
 	"penumbra/api"
 	"penumbra/dir"
+	"penumbra/sample"
 )
 
 // P6.1: the chapter's examples.
@@ -67,12 +68,12 @@ func TestCheck(t *testing.T) {
 			}
 		}
 	}
-	for _, d := range some() {
+	for _, d := range sample.Dirs() {
 		if e := dir.Check(d); e != api.OK {
 			t.Errorf("%v: error %d", d, e)
 		}
 	}
-	for _, d := range noForms() {
+	for _, d := range sample.NoDirs() {
 		if e := dir.Check(d); e != api.ErrDir {
 			t.Errorf("%v: error %d", d, e)
 		}
@@ -128,8 +129,8 @@ func TestCmp(t *testing.T) {
 			}
 		}
 	}
-	for _, none := range noForms() {
-		for _, d := range append(some(), noForms()...) {
+	for _, none := range sample.NoDirs() {
+		for _, d := range append(sample.Dirs(), sample.NoDirs()...) {
 			if got := dir.Cmp(none, d); got != 0 {
 				t.Errorf("%v, %v: %d", none, d, got)
 			}
@@ -154,7 +155,7 @@ func TestAll(t *testing.T) {
 	if got, e := dir.All(2); !slices.Equal(right(t, got, e), two) {
 		t.Errorf("2 steps: %v", got)
 	}
-	for _, k := range append(ends(), -17, -16, -2, -1, 0, 17, 18, 64) {
+	for _, k := range append(sample.Ends(), -17, -16, -2, -1, 0, 17, 18, 64) {
 		if got, e := dir.All(k); len(got) != 0 || e != api.ErrArg {
 			t.Errorf("%d steps: %v, error %d", k, got, e)
 		}
@@ -178,7 +179,7 @@ func TestAcross(t *testing.T) {
 			t.Errorf("%v: %v, not %v", d, got, want)
 		}
 	}
-	for _, d := range noForms() {
+	for _, d := range sample.NoDirs() {
 		got, e := dir.Across(d)
 		refused(t, "Across", got, e, api.ErrDir)
 	}

@@ -5,6 +5,7 @@ import (
 
 	"penumbra/api"
 	"penumbra/dir"
+	"penumbra/sample"
 )
 
 // wide: different directions whose |P| come to just sum, with a Q of 1 each, so that those come to less.
@@ -113,16 +114,16 @@ func TestKatzRefused(t *testing.T) {
 			ok, e := dir.Katz(n, c.dirs)
 			refused(t, "Katz", ok, e, c.want)
 		}
-		for _, n := range noSides() {
+		for _, n := range sample.NoSides() {
 			ok, e := dir.Katz(n, c.dirs)
 			refused(t, "Katz of no side", ok, e, api.ErrArg)
 		}
 	}
-	for _, d := range noForms() {
+	for _, d := range sample.NoDirs() {
 		ok, e := dir.Katz(3, []api.Dir{other, d, other})
 		refused(t, "Katz of no direction", ok, e, api.ErrDir)
 	}
-	for _, n := range noSides() {
+	for _, n := range sample.NoSides() {
 		for _, dirs := range [][]api.Dir{nil, {one}, forms(4)} {
 			ok, e := dir.Katz(n, dirs)
 			refused(t, "Katz of no side", ok, e, api.ErrArg)

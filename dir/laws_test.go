@@ -6,6 +6,7 @@ import (
 
 	"penumbra/api"
 	"penumbra/dir"
+	"penumbra/sample"
 )
 
 // P6.2: any multiple of a direction leads back to it.
@@ -79,7 +80,7 @@ func TestAcrossTwice(t *testing.T) {
 // P6.3: each cell lies on just one line: the lines together hold each cell once, and Index tells the line that holds it.
 func TestLinesPart(t *testing.T) {
 	for _, n := range []int{1, 2, 3, 6, 16, 33, 64} {
-		all := some()
+		all := sample.Dirs()
 		if n <= 6 {
 			all = forms(16)
 		}
@@ -114,7 +115,7 @@ func TestCellsOfOneLine(t *testing.T) {
 			pairwise(t, n, d, 1)
 		}
 	}
-	for _, d := range some() {
+	for _, d := range sample.Dirs() {
 		pairwise(t, 18, d, 5)
 		pairwise(t, 64, d, 61)
 	}

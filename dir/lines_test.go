@@ -6,6 +6,7 @@ import (
 
 	"penumbra/api"
 	"penumbra/dir"
+	"penumbra/sample"
 )
 
 // agree: all that the calls tell of the lines of a grid, cell by cell and line by line.
@@ -36,8 +37,8 @@ func TestLines(t *testing.T) {
 			agree(t, n, d)
 		}
 	}
-	for _, n := range sides() {
-		for _, d := range some() {
+	for _, n := range sample.Sides() {
+		for _, d := range sample.Dirs() {
 			agree(t, n, d)
 		}
 	}
@@ -79,14 +80,14 @@ func TestLinesWrittenOut(t *testing.T) {
 func TestLinesRefused(t *testing.T) {
 	for _, places := range [][2]int{{0, 0}, {-1, 3}, {1 << 20, -5}} {
 		for name, do := range calls(places[0], places[1]) {
-			for _, n := range noSides() {
-				for _, d := range append(some()[:4], noForms()[:8]...) {
+			for _, n := range sample.NoSides() {
+				for _, d := range append(sample.Dirs()[:4], sample.NoDirs()[:8]...) {
 					got, e := do(n, d)
 					refused(t, name+" of no side", got, e, api.ErrArg)
 				}
 			}
-			for _, n := range sides() {
-				for _, d := range noForms() {
+			for _, n := range sample.Sides() {
+				for _, d := range sample.NoDirs() {
 					got, e := do(n, d)
 					refused(t, name+" of no direction", got, e, api.ErrDir)
 				}
@@ -97,8 +98,8 @@ func TestLinesRefused(t *testing.T) {
 
 // P6.1: cells one beyond the edge and farther, for the sake of either place or of both.
 func TestNoSuchCell(t *testing.T) {
-	for _, n := range sides() {
-		for _, d := range some() {
+	for _, n := range sample.Sides() {
+		for _, d := range sample.Dirs() {
 			for _, away := range beyond(n) {
 				if 0 <= away && away < n {
 					continue
@@ -114,10 +115,10 @@ func TestNoSuchCell(t *testing.T) {
 
 // P6.1: bins one beyond either end and farther.
 func TestNoSuchBin(t *testing.T) {
-	for _, n := range sides() {
-		for _, d := range some() {
+	for _, n := range sample.Sides() {
+		for _, d := range sample.Dirs() {
 			bins := lines(n, d).bins
-			for _, bin := range append(ends(), -bins, -2, -1, bins, bins+1, 2*bins, 4096) {
+			for _, bin := range append(sample.Ends(), -bins, -2, -1, bins, bins+1, 2*bins, 4096) {
 				if got, e := dir.Line(n, d, bin); len(got) != 0 || e != api.ErrArg {
 					t.Fatalf("side %d, %v, bin %d: %v, error %d", n, d, bin, got, e)
 				}

@@ -6,11 +6,12 @@ import (
 
 	"penumbra/api"
 	"penumbra/dir"
+	"penumbra/sample"
 )
 
 // P6.4: a list that is handed in is not changed, its spare room neither, whatever is answered.
 func TestNotChanged(t *testing.T) {
-	lists := [][]api.Dir{nil, {}, {{P: 1}}, some(), forms(16), noForms(), append(some(), some()...), append(some(), noForms()...)}
+	lists := [][]api.Dir{nil, {}, {{P: 1}}, sample.Dirs(), forms(16), sample.NoDirs(), append(sample.Dirs(), sample.Dirs()...), append(sample.Dirs(), sample.NoDirs()...)}
 	backwards := forms(16) // one that isn't in order
 	slices.Reverse(backwards)
 	for _, list := range append(lists, backwards) {
@@ -33,8 +34,8 @@ func TestAnswersAreNew(t *testing.T) {
 			return all
 		})
 	}
-	for _, n := range sides() {
-		for _, d := range some() {
+	for _, n := range sample.Sides() {
+		for _, d := range sample.Dirs() {
 			for bin := 0; bin < lines(n, d).bins; bin += 1 + n {
 				alone(t, "Line", api.Cell{X: -1, Y: 99}, func() []api.Cell {
 					cells, _ := dir.Line(n, d, bin)

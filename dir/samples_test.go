@@ -9,47 +9,13 @@ import (
 	"penumbra/sample"
 )
 
-// sides: the edges, and ordinary ones, odd and even.
-func sides() []int { return []int{1, 2, 3, 4, 5, 8, 13, 17, 63, 64} }
-
-// noSides: what is no side of a grid.
-func noSides() []int {
-	return []int{math.MinInt, math.MinInt + 1, -1 << 32, -65, -64, -3, -2, -1, 0, 65, 66, 128, 4096, 1 << 31, 1 << 32, 1<<32 + 3, 1 << 62, math.MaxInt - 1, math.MaxInt}
-}
-
-// some: the directions with an edge about them, and ordinary ones.
-func some() []api.Dir {
-	return []api.Dir{
-		{P: 1}, {Q: 1}, {P: 1, Q: 1}, {P: -1, Q: 1}, {P: 1, Q: 2}, {P: -1, Q: 2}, {P: 2, Q: 1}, {P: -2, Q: 1}, {P: 3, Q: 2}, {P: -3, Q: 5},
-		{P: 16, Q: 1}, {P: -16, Q: 1}, {P: 1, Q: 16}, {P: -1, Q: 16}, {P: 16, Q: 15}, {P: -16, Q: 15}, {P: 15, Q: 16}, {P: -15, Q: 16}, {P: 9, Q: 16}, {P: -7, Q: 12},
-	}
-}
-
-// noForms: directions that aren't in their one form.
-func noForms() []api.Dir {
-	out := []api.Dir{
-		{}, {P: -1}, {P: 2}, {P: -2}, {P: 16}, {P: -16}, {Q: -1}, {Q: 2}, {Q: 16}, {Q: -16},
-		{P: 1, Q: -1}, {P: -1, Q: -1}, {P: 2, Q: 2}, {P: -2, Q: 2}, {P: 4, Q: 6}, {P: -9, Q: 15}, {P: 16, Q: 16}, {P: -16, Q: 16}, {P: 14, Q: 7}, {P: 13, Q: 13}, {P: 2, Q: -3},
-		{P: 17, Q: 1}, {P: -17, Q: 1}, {P: 1, Q: 17}, {P: -1, Q: 17}, {P: 17, Q: 16}, {P: 16, Q: 17}, {P: 17}, {P: -17}, {Q: 17}, {Q: -17}, {P: 17, Q: -1}, {P: 17, Q: 17}, {P: 34, Q: 2},
-	}
-	for _, a := range ends() {
-		out = append(out, api.Dir{P: a, Q: 1}, api.Dir{P: 1, Q: a}, api.Dir{P: a}, api.Dir{Q: a}, api.Dir{P: a, Q: a}, api.Dir{P: a, Q: 16}, api.Dir{P: -16, Q: a})
-	}
-	return out
-}
-
-// ends: of int, and numbers whose products go round.
-func ends() []int {
-	return []int{math.MinInt, math.MinInt + 1, -1 << 62, -1 << 32, -1<<32 + 1, 1 << 31, 1 << 32, 1<<32 + 1, 1 << 60, 1<<60 + 1, 1 << 62, math.MaxInt - 1, math.MaxInt}
-}
-
 // beyond: places outside a grid of side n.
-func beyond(n int) []int { return append(ends(), -n, -2, -1, n, n+1, 2*n, 64) }
+func beyond(n int) []int { return append(sample.Ends(), -n, -2, -1, n, n+1, 2*n, 64) }
 
 // pairs: numbers for Normal, multiples of directions and others.
 func pairs() [][2]int {
 	small := []int{-34, -33, -32, -18, -17, -16, -15, -8, -7, -6, -4, -3, -2, -1, 0, 1, 2, 3, 4, 5, 6, 7, 9, 12, 15, 16, 17, 18, 31, 32, 34, 48, 51, 255, 272}
-	great := ends()
+	great := sample.Ends()
 	for _, t := range []int{2, 3, 7, 15, 16, 17, 32, 49, 64, 73, 127} {
 		great = append(great, math.MaxInt/t, math.MinInt/t, math.MaxInt/t*(t-1), math.MinInt/t*(t-1))
 	}

@@ -41,18 +41,18 @@ func TestExamples(t *testing.T) {
 // P5.1: which grids are sound; every side there is.
 func TestCheck(t *testing.T) {
 	for n := 1; n <= 64; n++ {
-		if e := grid.Check(filled(n, complex(api.MaxPart, -api.MaxPart))); e != api.OK {
+		if e := grid.Check(sample.Filled(n, complex(api.MaxPart, -api.MaxPart))); e != api.OK {
 			t.Errorf("side %d: error %d", n, e)
 		}
 	}
-	for _, n := range sides() {
-		for _, g := range sound(n) {
+	for _, n := range sample.Sides() {
+		for _, g := range sample.Grids(n) {
 			if e := grid.Check(g); e != api.OK {
 				t.Errorf("side %d, first cell %v: error %d", n, g.Cells[0], e)
 			}
 		}
 	}
-	for _, g := range unsound() {
+	for _, g := range sample.NoGrids() {
 		if e := grid.Check(g); e != api.ErrGrid {
 			t.Errorf("side %d, %d cells: error %d", g.N, len(g.Cells), e)
 		}
@@ -78,8 +78,8 @@ func TestNew(t *testing.T) {
 
 // P5.1: cells inside the grid, and 0 where there is none.
 func TestAt(t *testing.T) {
-	for _, n := range sides() {
-		g := numbered(n)
+	for _, n := range sample.Sides() {
+		g := sample.Numbered(n)
 		for _, y := range anyInts(n) {
 			for _, x := range anyInts(n) {
 				var want complex128
@@ -92,7 +92,7 @@ func TestAt(t *testing.T) {
 			}
 		}
 	}
-	for _, g := range unsound() {
+	for _, g := range sample.NoGrids() {
 		for _, c := range []api.Cell{{}, {X: 1}, {Y: 1}, {X: g.N - 1, Y: g.N - 1}, {X: -1}, {X: math.MinInt, Y: math.MaxInt}} {
 			if got := grid.At(g, c.X, c.Y); !sample.Agree(got, 0) {
 				t.Fatalf("unsound, side %d, %d cells, %v: %v", g.N, len(g.Cells), c, got)
@@ -103,24 +103,24 @@ func TestAt(t *testing.T) {
 
 // P5.1: every place can have another cell, and no other place changes.
 func TestPut(t *testing.T) {
-	for _, n := range sides() {
-		g := numbered(n)
+	for _, n := range sample.Sides() {
+		g := sample.Numbered(n)
 		for place := 0; place < n*n; place += 1 + n*n/50 {
 			v := complex(float64(-place), api.MaxPart)
 			got, e := grid.Put(g, place%n, place/n, v)
-			check(t, "Put", right(t, got, e), with(g, place, v))
+			check(t, "Put", right(t, got, e), sample.With(g, place, v))
 		}
 		for _, v := range []complex128{0, 1, -1i, api.MaxPart, -api.MaxPart, complex(0, api.MaxPart), complex(0, -api.MaxPart), complex(api.MaxPart, -api.MaxPart), complex(-api.MaxPart, api.MaxPart)} {
 			got, e := grid.Put(g, n-1, n/2, v)
-			check(t, "Put", right(t, got, e), with(g, n/2*n+n-1, v))
+			check(t, "Put", right(t, got, e), sample.With(g, n/2*n+n-1, v))
 		}
 	}
 }
 
 // P5.1: places that there aren't, and what is no cell's value.
 func TestPutRefused(t *testing.T) {
-	for _, n := range sides() {
-		g := numbered(n)
+	for _, n := range sample.Sides() {
+		g := sample.Numbered(n)
 		for _, y := range anyInts(n) {
 			for _, x := range anyInts(n) {
 				if 0 <= x && x < n && 0 <= y && y < n {
@@ -130,7 +130,7 @@ func TestPutRefused(t *testing.T) {
 				refused(t, "Put at no place", got, e, api.ErrArg)
 			}
 		}
-		for _, v := range noValues() {
+		for _, v := range sample.NoValues() {
 			got, e := grid.Put(g, n-1, 0, v)
 			refused(t, "Put of no value", got, e, api.ErrArg)
 			got, e = grid.Put(g, n, -1, v)
@@ -142,7 +142,7 @@ func TestPutRefused(t *testing.T) {
 // P5.1: grids moved by any ways.
 func TestMoves(t *testing.T) {
 	for _, n := range []int{1, 2, 3, 4, 13} {
-		g := numbered(n)
+		g := sample.Numbered(n)
 		for _, dx := range anyInts(n) {
 			for _, dy := range anyInts(n) {
 				got, e := grid.Shift(g, dx, dy)
@@ -153,7 +153,7 @@ func TestMoves(t *testing.T) {
 		}
 	}
 	for _, n := range []int{63, 64} {
-		g := numbered(n)
+		g := sample.Numbered(n)
 		for _, d := range anyInts(n) {
 			got, e := grid.Shift(g, d, 2)
 			check(t, "Shift", right(t, got, e), shifted(g, d, 2))
@@ -169,8 +169,8 @@ func TestMoves(t *testing.T) {
 
 // P5.1: mirrors, and any number of quarters, of all kinds of cells.
 func TestTurns(t *testing.T) {
-	for _, n := range sides() {
-		for _, g := range sound(n) {
+	for _, n := range sample.Sides() {
+		for _, g := range sample.Grids(n) {
 			got, e := grid.Mirror(g)
 			check(t, "Mirror", right(t, got, e), mirrored(g))
 			for k := -4; k <= 5; k++ {
@@ -179,8 +179,8 @@ func TestTurns(t *testing.T) {
 			}
 		}
 		for _, k := range anyInts(n) {
-			got, e := grid.Quarter(numbered(n), k)
-			check(t, "Quarter", right(t, got, e), turned(numbered(n), k))
+			got, e := grid.Quarter(sample.Numbered(n), k)
+			check(t, "Quarter", right(t, got, e), turned(sample.Numbered(n), k))
 		}
 	}
 }
@@ -214,14 +214,14 @@ func TestWrittenOut(t *testing.T) {
 
 // P5.1: the sum, the greatest and the least ones among them.
 func TestSum(t *testing.T) {
-	for _, n := range sides() {
-		for _, g := range sound(n) {
+	for _, n := range sample.Sides() {
+		for _, g := range sample.Grids(n) {
 			if got, e := grid.Sum(g); e != api.OK || !sample.Agree(got, total(g).number()) {
 				t.Errorf("side %d: %v, error %d, not %v", n, got, e, total(g))
 			}
 		}
 	}
-	if got, e := grid.Sum(filled(64, complex(api.MaxPart, -api.MaxPart))); e != api.OK || got != complex(1<<32, -1<<32) {
+	if got, e := grid.Sum(sample.Filled(64, complex(api.MaxPart, -api.MaxPart))); e != api.OK || got != complex(1<<32, -1<<32) {
 		t.Errorf("the greatest sum: %v, error %d", got, e)
 	}
 	if got, e := grid.Sum(api.Grid{N: 2, Cells: []complex128{-5 + 2i, 5, -2i, 0}}); e != api.OK || !sample.Agree(got, 0) {
@@ -231,13 +231,13 @@ func TestSum(t *testing.T) {
 
 // P5.1: one cell at each place, and two at any pair of places.
 func TestBox(t *testing.T) {
-	for _, n := range sides() {
-		if a, b, ok := grid.Box(filled(n, 0)); ok || a != (api.Cell{}) || b != (api.Cell{}) {
+	for _, n := range sample.Sides() {
+		if a, b, ok := grid.Box(sample.Filled(n, 0)); ok || a != (api.Cell{}) || b != (api.Cell{}) {
 			t.Errorf("side %d, no cell: %v, %v, %v", n, a, b, ok)
 		}
 		for i := 0; i < n*n; i += 1 + n*n/40 {
 			for j := 0; j < n*n; j += 1 + n*n/30 {
-				g := with(with(filled(n, 0), i, -1), j, 1i)
+				g := sample.With(sample.With(sample.Filled(n, 0), i, -1), j, 1i)
 				least := api.Cell{X: min(i%n, j%n), Y: min(i/n, j/n)}
 				greatest := api.Cell{X: max(i%n, j%n), Y: max(i/n, j/n)}
 				if a, b, ok := grid.Box(g); !ok || a != least || b != greatest {
@@ -247,16 +247,16 @@ func TestBox(t *testing.T) {
 		}
 		last := n*n - 1
 		for _, places := range [][2]int{{0, last}, {n - 1, last - n + 1}} {
-			g := with(with(filled(n, 0), places[0], 2), places[1], -2i)
+			g := sample.With(sample.With(sample.Filled(n, 0), places[0], 2), places[1], -2i)
 			if a, b, ok := grid.Box(g); !ok || a != (api.Cell{}) || b != (api.Cell{X: n - 1, Y: n - 1}) {
 				t.Errorf("side %d, opposite corners: %v, %v, %v", n, a, b, ok)
 			}
 		}
-		if a, b, ok := grid.Box(numbered(n)); !ok || a != (api.Cell{}) || b != (api.Cell{X: n - 1, Y: n - 1}) {
+		if a, b, ok := grid.Box(sample.Numbered(n)); !ok || a != (api.Cell{}) || b != (api.Cell{X: n - 1, Y: n - 1}) {
 			t.Errorf("side %d, all cells: %v, %v, %v", n, a, b, ok)
 		}
 	}
-	for _, g := range unsound() {
+	for _, g := range sample.NoGrids() {
 		if a, b, ok := grid.Box(g); ok || a != (api.Cell{}) || b != (api.Cell{}) {
 			t.Errorf("unsound, side %d, %d cells: %v, %v, %v", g.N, len(g.Cells), a, b, ok)
 		}

@@ -7,6 +7,7 @@ import (
 	"penumbra/api"
 	"penumbra/cx"
 	"penumbra/grid"
+	"penumbra/sample"
 )
 
 // of: the answer of a call that isn't refused.
@@ -21,8 +22,8 @@ func of(t *testing.T) func(g api.Grid, e api.Errno) api.Grid {
 func TestRollsAddUp(t *testing.T) {
 	got := of(t)
 	ways := []int{-1 << 62, -1000003, -65, -3, -1, 0, 1, 2, 5, 64, 999983, 1<<62 - 1}
-	for _, n := range sides() {
-		g := numbered(n)
+	for _, n := range sample.Sides() {
+		g := sample.Numbered(n)
 		for i, a := range ways {
 			for j, c := range ways {
 				b, d := ways[(i+5)%len(ways)], ways[(j+7)%len(ways)]
@@ -40,8 +41,8 @@ func TestRollsAddUp(t *testing.T) {
 // P5.2: four quarters are none, and quarters add up.
 func TestQuartersAddUp(t *testing.T) {
 	got := of(t)
-	for _, n := range sides() {
-		for _, g := range sound(n) {
+	for _, n := range sample.Sides() {
+		for _, g := range sample.Grids(n) {
 			four := g
 			for k := range 4 {
 				check(t, "quarters one by one", four, got(grid.Quarter(g, k)))
@@ -59,8 +60,8 @@ func TestQuartersAddUp(t *testing.T) {
 // P5.2: two mirrors are none; a mirror between two quarters is a mirror.
 func TestMirrors(t *testing.T) {
 	got := of(t)
-	for _, n := range sides() {
-		for _, g := range sound(n) {
+	for _, n := range sample.Sides() {
+		for _, g := range sample.Grids(n) {
 			mirror := got(grid.Mirror(g))
 			check(t, "two mirrors", got(grid.Mirror(mirror)), g)
 			for _, k := range []int{1, 2, 3, -1, 5} {
@@ -84,9 +85,9 @@ func sumOf(t *testing.T, g api.Grid) complex128 {
 // P5.3: sums go through Add, Sub and Times; Add and Sub take one another back.
 func TestSumGoesThrough(t *testing.T) {
 	added, multiplied := 0, 0
-	for _, n := range sides() {
-		for _, a := range sound(n) {
-			for _, b := range sound(n) {
+	for _, n := range sample.Sides() {
+		for _, a := range sample.Grids(n) {
+			for _, b := range sample.Grids(n) {
 				if c, e := grid.Add(a, b); e == api.OK {
 					added++
 					if got, want := sumOf(t, c), cx.Add(sumOf(t, a), sumOf(t, b)); got != want {
@@ -120,8 +121,8 @@ func TestSumGoesThrough(t *testing.T) {
 // P5.3: rolls, mirrors and quarters do not change the sum.
 func TestSumStays(t *testing.T) {
 	got := of(t)
-	for _, n := range sides() {
-		for _, g := range sound(n) {
+	for _, n := range sample.Sides() {
+		for _, g := range sample.Grids(n) {
 			want := sumOf(t, g)
 			for _, d := range []int{math.MinInt, -n - 1, -1, 0, 1, 2, n, math.MaxInt} {
 				for _, h := range []api.Grid{got(grid.Roll(g, d, 1)), got(grid.Roll(g, -2, d)), got(grid.Mirror(g)), got(grid.Quarter(g, d))} {

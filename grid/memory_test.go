@@ -18,9 +18,9 @@ func handedTwo(beside api.Grid) map[string]func(g api.Grid) (api.Grid, api.Errno
 
 // P5.4: what is handed in is not changed, its spare room neither, whatever is answered.
 func TestNotChanged(t *testing.T) {
-	all := unsound()
-	for _, n := range sides() {
-		all = append(all, sound(n)...)
+	all := sample.NoGrids()
+	for _, n := range sample.Sides() {
+		all = append(all, sample.Grids(n)...)
 	}
 	for _, g := range all {
 		n := max(1, min(g.N, 64))
@@ -39,14 +39,14 @@ func TestNotChanged(t *testing.T) {
 
 // P5.4: an answer is new memory, shared with no argument and no other answer, also where it has the argument's own cells.
 func TestAnswersAreNew(t *testing.T) {
-	for _, n := range sides() {
-		for _, g := range []api.Grid{numbered(n), filled(n, 0)} {
+	for _, n := range sample.Sides() {
+		for _, g := range []api.Grid{sample.Numbered(n), sample.Filled(n, 0)} {
 			every := calls(n)
-			for name, do := range handedTwo(numbered(n)) {
+			for name, do := range handedTwo(sample.Numbered(n)) {
 				every[name] = do
 			}
-			every["Add 0"] = func(g api.Grid) (api.Grid, api.Errno) { return grid.Add(g, filled(n, 0)) }
-			every["Sub 0"] = func(g api.Grid) (api.Grid, api.Errno) { return grid.Sub(g, filled(n, 0)) }
+			every["Add 0"] = func(g api.Grid) (api.Grid, api.Errno) { return grid.Add(g, sample.Filled(n, 0)) }
+			every["Sub 0"] = func(g api.Grid) (api.Grid, api.Errno) { return grid.Sub(g, sample.Filled(n, 0)) }
 			every["Put the same"] = func(h api.Grid) (api.Grid, api.Errno) { return grid.Put(h, 0, 0, g.Cells[0]) }
 			every["New"] = func(api.Grid) (api.Grid, api.Errno) { return grid.New(n) }
 			for name, do := range every {
@@ -64,11 +64,11 @@ func TestAnswersAreNew(t *testing.T) {
 
 // P5.4: neither of two grids shares its memory with the answer, the one that stands beside neither.
 func TestNewBesideTwo(t *testing.T) {
-	for _, n := range sides() {
-		beside := numbered(n)
+	for _, n := range sample.Sides() {
+		beside := sample.Numbered(n)
 		before := sample.Bits(beside.Cells)
 		for name, do := range handedTwo(beside) {
-			out, e := do(filled(n, 0))
+			out, e := do(sample.Filled(n, 0))
 			right(t, out, e)
 			for j := range out.Cells {
 				out.Cells[j] = 0.25
@@ -84,7 +84,7 @@ func TestNewBesideTwo(t *testing.T) {
 
 // P1, rule 5: calls at the same time do not show in each other's answers.
 func TestAtTheSameTime(t *testing.T) {
-	g := numbered(32)
+	g := sample.Numbered(32)
 	for name, do := range calls(32) {
 		alone := sample.Alone(func() []complex128 {
 			out, _ := do(g)

@@ -4,6 +4,7 @@ import (
 	"math/big"
 
 	"penumbra/api"
+	"penumbra/sample"
 )
 
 // The chapter's rules as they stand, in whole numbers: each cell of the argument is sent where it goes, rather than fetched.
@@ -27,7 +28,7 @@ func (a pair) fits() bool {
 
 // merged: both grids cell by cell, and whether all cells fit.
 func merged(a, b api.Grid, do func(a, b pair) pair) (api.Grid, bool) {
-	out := filled(a.N, 0)
+	out := sample.Filled(a.N, 0)
 	fits := true
 	for j := range out.Cells {
 		v := do(pairOf(a.Cells[j]), pairOf(b.Cells[j]))
@@ -47,7 +48,7 @@ func total(g api.Grid) pair {
 
 // sent: each cell where to tells; gone where it tells no.
 func sent(g api.Grid, to func(x, y int) (int, int, bool)) api.Grid {
-	out := filled(g.N, 0)
+	out := sample.Filled(g.N, 0)
 	for y := range g.N {
 		for x := range g.N {
 			if toX, toY, ok := to(x, y); ok {

@@ -23,9 +23,9 @@ func answersTo(t *testing.T, what string, got api.Grid, e api.Errno, want api.Gr
 
 // P5.1: sums and differences of all pairs of grids, in whole numbers.
 func TestAddSub(t *testing.T) {
-	for _, n := range sides() {
-		for _, a := range sound(n) {
-			for _, b := range sound(n) {
+	for _, n := range sample.Sides() {
+		for _, a := range sample.Grids(n) {
+			for _, b := range sample.Grids(n) {
 				got, e := grid.Add(a, b)
 				want, fits := merged(a, b, pair.plus)
 				answersTo(t, "Add", got, e, want, fits)
@@ -41,16 +41,16 @@ func TestAddSub(t *testing.T) {
 func factors() []complex128 {
 	d := sample.Dice(5)
 	out := []complex128{0, 1, -1, 1i, -1i, 2, -2i, 1 + 1i, 1 - 1i, 1024, 1024i, -1165, 1165 - 900i, 500 + 300i, api.MaxPart, complex(0, -api.MaxPart), complex(-api.MaxPart, api.MaxPart)}
-	return append(append(out, d.List(20, small(&d, 3))...), d.List(10, small(&d, 2000))...)
+	return append(append(out, d.List(20, d.UpTo(3))...), d.List(10, d.UpTo(2000))...)
 }
 
 // P5.1: products of grids of all kinds, in whole numbers.
 func TestTimes(t *testing.T) {
-	for _, n := range sides() {
-		for _, g := range sound(n) {
+	for _, n := range sample.Sides() {
+		for _, g := range sample.Grids(n) {
 			for _, v := range factors() {
 				got, e := grid.Times(g, v)
-				want, fits := merged(g, filled(n, v), pair.times)
+				want, fits := merged(g, sample.Filled(n, v), pair.times)
 				answersTo(t, "Times", got, e, want, fits)
 			}
 		}
@@ -74,11 +74,11 @@ func TestSumsAtTheLimit(t *testing.T) {
 		minus := complex(0-real(c.b), 0-imag(c.b))
 		for _, n := range []int{1, 2, 3, 64} {
 			for _, place := range []int{0, n * n / 2, n*n - 1} {
-				a, rest := with(numbered(n), place, c.a), filled(n, 0)
-				want := with(a, place, c.a+c.b)
-				got, e := grid.Add(a, with(rest, place, c.b))
+				a, rest := sample.With(sample.Numbered(n), place, c.a), sample.Filled(n, 0)
+				want := sample.With(a, place, c.a+c.b)
+				got, e := grid.Add(a, sample.With(rest, place, c.b))
 				answersTo(t, "Add", got, e, want, c.want == api.OK)
-				got, e = grid.Sub(a, with(rest, place, minus))
+				got, e = grid.Sub(a, sample.With(rest, place, minus))
 				answersTo(t, "Sub", got, e, want, c.want == api.OK)
 			}
 		}
@@ -104,9 +104,9 @@ func TestProductsAtTheLimit(t *testing.T) {
 	} {
 		for _, n := range []int{1, 2, 3, 64} {
 			for _, place := range []int{0, n * n / 2, n*n - 1} {
-				g := with(filled(n, 0), place, c.a)
+				g := sample.With(sample.Filled(n, 0), place, c.a)
 				got, e := grid.Times(g, c.b)
-				want, fits := merged(g, filled(n, c.b), pair.times)
+				want, fits := merged(g, sample.Filled(n, c.b), pair.times)
 				if fits != (c.want == api.OK) {
 					t.Fatalf("%v times %v: the limit is not met", c.a, c.b)
 				}
@@ -118,25 +118,25 @@ func TestProductsAtTheLimit(t *testing.T) {
 
 // P5.1: parts that come out as noughts are +0.
 func TestNoughts(t *testing.T) {
-	zero := func(n int) api.Grid { return filled(n, 0) }
+	zero := func(n int) api.Grid { return sample.Filled(n, 0) }
 	for _, n := range []int{1, 2, 3, 64} {
 		for _, v := range []complex128{1, -1, 1i, -1i, -3 - 3i, -api.MaxPart, complex(0, -api.MaxPart)} {
 			got, e := grid.Times(zero(n), v)
 			check(t, "0 times a number", right(t, got, e), zero(n))
-			got, e = grid.Times(filled(n, v), 0)
+			got, e = grid.Times(sample.Filled(n, v), 0)
 			check(t, "a number times 0", right(t, got, e), zero(n))
-			got, e = grid.Sub(filled(n, v), filled(n, v))
+			got, e = grid.Sub(sample.Filled(n, v), sample.Filled(n, v))
 			check(t, "a number less itself", right(t, got, e), zero(n))
 			got, e = grid.Sub(zero(n), zero(n))
 			check(t, "0 less 0", right(t, got, e), zero(n))
-			got, e = grid.Add(filled(n, v), filled(n, complex(0-real(v), 0-imag(v))))
+			got, e = grid.Add(sample.Filled(n, v), sample.Filled(n, complex(0-real(v), 0-imag(v))))
 			check(t, "a number and its negative", right(t, got, e), zero(n))
-			got, e = grid.Shift(filled(n, v), -n, 0)
+			got, e = grid.Shift(sample.Filled(n, v), -n, 0)
 			check(t, "all gone", right(t, got, e), zero(n))
 		}
 		for _, c := range []struct{ a, b, want complex128 }{{1, -1, -1}, {1i, 1i, -1}, {-1, 1i, -1i}, {-2, -2, 4}, {1 + 1i, 1 + 1i, 2i}, {1 + 1i, -1 + 1i, -2}} {
-			got, e := grid.Times(filled(n, c.a), c.b)
-			check(t, "a product with one nought", right(t, got, e), filled(n, c.want))
+			got, e := grid.Times(sample.Filled(n, c.a), c.b)
+			check(t, "a product with one nought", right(t, got, e), sample.Filled(n, c.want))
 		}
 	}
 }
@@ -144,17 +144,17 @@ func TestNoughts(t *testing.T) {
 // P5.1: unlike sides, whatever the cells: of many cells or few, ErrArg comes ahead of ErrBig.
 func TestUnlikeSides(t *testing.T) {
 	most := complex(api.MaxPart, -api.MaxPart)
-	for _, n := range sides() {
-		for _, m := range sides() {
+	for _, n := range sample.Sides() {
+		for _, m := range sample.Sides() {
 			if n == m {
 				continue
 			}
 			for _, do := range []two{grid.Add, grid.Sub} {
-				got, e := do(numbered(n), filled(m, 0))
+				got, e := do(sample.Numbered(n), sample.Filled(m, 0))
 				refused(t, "unlike sides", got, e, api.ErrArg)
-				got, e = do(filled(n, most), filled(m, most))
+				got, e = do(sample.Filled(n, most), sample.Filled(m, most))
 				refused(t, "unlike sides and great cells", got, e, api.ErrArg)
-				got, e = do(filled(n, most), filled(m, -most))
+				got, e = do(sample.Filled(n, most), sample.Filled(m, -most))
 				refused(t, "unlike sides and great cells", got, e, api.ErrArg)
 			}
 		}
@@ -163,8 +163,8 @@ func TestUnlikeSides(t *testing.T) {
 
 // P5.1: what is no cell's value is no factor, ahead of what would be too great.
 func TestNoFactors(t *testing.T) {
-	for _, v := range noValues() {
-		for _, g := range []api.Grid{filled(1, 0), numbered(2), filled(3, api.MaxPart), filled(64, 1)} {
+	for _, v := range sample.NoValues() {
+		for _, g := range []api.Grid{sample.Filled(1, 0), sample.Numbered(2), sample.Filled(3, api.MaxPart), sample.Filled(64, 1)} {
 			got, e := grid.Times(g, v)
 			refused(t, "Times", got, e, api.ErrArg)
 		}
@@ -179,13 +179,13 @@ func calls(n int) map[string]func(g api.Grid) (api.Grid, api.Errno) {
 		"Put far away":      func(g api.Grid) (api.Grid, api.Errno) { return grid.Put(g, math.MaxInt, math.MinInt, 1) },
 		"Put no value":      func(g api.Grid) (api.Grid, api.Errno) { return grid.Put(g, 0, 0, complex(0, math.NaN())) },
 		"Add to itself":     func(g api.Grid) (api.Grid, api.Errno) { return grid.Add(g, g) },
-		"Add first":         func(g api.Grid) (api.Grid, api.Errno) { return grid.Add(g, filled(n, 1)) },
-		"Add second":        func(g api.Grid) (api.Grid, api.Errno) { return grid.Add(filled(n, 1), g) },
-		"Add to another":    func(g api.Grid) (api.Grid, api.Errno) { return grid.Add(filled(n%64+1, 1), g) },
+		"Add first":         func(g api.Grid) (api.Grid, api.Errno) { return grid.Add(g, sample.Filled(n, 1)) },
+		"Add second":        func(g api.Grid) (api.Grid, api.Errno) { return grid.Add(sample.Filled(n, 1), g) },
+		"Add to another":    func(g api.Grid) (api.Grid, api.Errno) { return grid.Add(sample.Filled(n%64+1, 1), g) },
 		"Sub from itself":   func(g api.Grid) (api.Grid, api.Errno) { return grid.Sub(g, g) },
-		"Sub first":         func(g api.Grid) (api.Grid, api.Errno) { return grid.Sub(g, filled(n, 1)) },
-		"Sub second":        func(g api.Grid) (api.Grid, api.Errno) { return grid.Sub(filled(n, 1), g) },
-		"Sub from another":  func(g api.Grid) (api.Grid, api.Errno) { return grid.Sub(g, filled(n%64+1, 1)) },
+		"Sub first":         func(g api.Grid) (api.Grid, api.Errno) { return grid.Sub(g, sample.Filled(n, 1)) },
+		"Sub second":        func(g api.Grid) (api.Grid, api.Errno) { return grid.Sub(sample.Filled(n, 1), g) },
+		"Sub from another":  func(g api.Grid) (api.Grid, api.Errno) { return grid.Sub(g, sample.Filled(n%64+1, 1)) },
 		"Times":             func(g api.Grid) (api.Grid, api.Errno) { return grid.Times(g, 1) },
 		"Times i":           func(g api.Grid) (api.Grid, api.Errno) { return grid.Times(g, 1i) },
 		"Times the most":    func(g api.Grid) (api.Grid, api.Errno) { return grid.Times(g, api.MaxPart) },
@@ -205,7 +205,7 @@ func calls(n int) map[string]func(g api.Grid) (api.Grid, api.Errno) {
 
 // P5.1 and P1, rules 1, 2 and 6: a grid that isn't sound has ErrGrid ahead of every other error, and nothing beside it.
 func TestUnsound(t *testing.T) {
-	for _, g := range unsound() {
+	for _, g := range sample.NoGrids() {
 		for name, do := range calls(max(1, min(g.N, 64))) {
 			got, e := do(g)
 			refused(t, name, got, e, api.ErrGrid)

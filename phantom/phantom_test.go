@@ -119,7 +119,7 @@ func TestUnsound(t *testing.T) {
 func TestValue(t *testing.T) {
 	for _, n := range sides() {
 		for i, p := range sound(n) {
-			far := append(ends(), -1024, -1025, -2048, -2049, 1023, 1024, 1025, 2047, 2048)
+			far := append(sample.Ends(), -1024, -1025, -2048, -2049, 1023, 1024, 1025, 2047, 2048)
 			for _, x := range append(far, 0, 1, n-1, n) {
 				for _, y := range append(far, 0, -1, n-1, n) {
 					if got := phantom.Value(p, x, y); !sample.Agree(got, value(p, x, y)) {
@@ -216,7 +216,7 @@ func movedBy(p api.Phantom, dx, dy int) (api.Phantom, bool) {
 func TestMoved(t *testing.T) {
 	for _, n := range []int{1, 7, 64} {
 		for _, p := range append(sound(n), of(n, disc(-1024, 1024, 5, 1)), of(n, rect(5, 5, 1, 1, 2), rect(6, 1000, 1, 1, 3), disc(-1000, 2, 4, 4i))) {
-			steps := append(ends(), 0, 1, -1, 24, 25, -24, -25, 18, 19, 2048, -2048, 2049, -2049)
+			steps := append(sample.Ends(), 0, 1, -1, 24, 25, -24, -25, 18, 19, 2048, -2048, 2049, -2049)
 			for _, s := range p.Shapes {
 				steps = append(steps, 1024-s.X, 1025-s.X, -1024-s.Y, -1025-s.Y)
 			}

@@ -25,14 +25,6 @@ func of(n int, shapes ...api.Shape) api.Phantom { return api.Phantom{N: n, Shape
 // sides: the edges, and ordinary ones, odd and even.
 func sides() []int { return []int{1, 2, 3, 8, 13, 63, 64} }
 
-// noSides: what is no side of a field of view.
-func noSides() []int { return append(ends(), -65, -64, -1, 0, 65, 66, 128) }
-
-// ends: of int, and numbers whose low halves look like small ones.
-func ends() []int {
-	return []int{math.MinInt, math.MinInt + 1, -1 << 62, -1<<32 + 1, 1 << 31, 1<<32 + 1, 1<<32 + 3, 1 << 62, math.MaxInt - 1, math.MaxInt}
-}
-
 // parts: what a worth's part may be, with the edges.
 func parts() []float64 {
 	return []float64{0, 1, -1, 7, -100, 4095, 65535, -65535, 65536, -65536}
@@ -80,13 +72,13 @@ func few() []api.Shape {
 // noShapes: each with one thing that no shape has, their worths well.
 func noShapes() []api.Shape {
 	out := []api.Shape{{}, {Worth: 1}, {Kind: 4, A: 1, B: 1}, {Kind: -1, A: 1, B: 1, Worth: 5}, {Kind: api.Disc, A: 4, B: 1, Worth: 2}, {Kind: api.Disc, A: 4, B: -1}}
-	for _, a := range append(ends(), 0, -1, 1025) {
+	for _, a := range append(sample.Ends(), 0, -1, 1025) {
 		out = append(out, rect(1, 1, a, 2, 1), rect(1, 1, 2, a, 1), wedge(1, 1, a, 2, 2i), wedge(1, 1, 2, a, 2i))
 	}
-	for _, a := range append(ends(), -1025, 1025) {
+	for _, a := range append(sample.Ends(), -1025, 1025) {
 		out = append(out, rect(a, 1, 2, 2, 5), rect(1, a, 2, 2, 5), disc(a, 1, 2, 5), disc(1, a, 2, 5), wedge(a, 1, 2, 2, 5), wedge(1, a, 2, 2, 5), api.Shape{Kind: a, A: 2, B: 2, Worth: 3})
 	}
-	for _, a := range append(ends(), -1, 1024*1024+1) {
+	for _, a := range append(sample.Ends(), -1, 1024*1024+1) {
 		out = append(out, disc(1, 1, a, 5))
 	}
 	return out
@@ -160,7 +152,7 @@ func worthless(s api.Shape) api.Shape {
 func flaws() []flaw {
 	var out []flaw
 	none := noShapes()
-	for _, n := range noSides() {
+	for _, n := range sample.NoSides() {
 		for _, shapes := range [][]api.Shape{nil, {}, many(1), many(16), many(17), {none[0]}, {worthless(few()[0])}, make([]api.Shape, 17)} {
 			out = append(out, flaw{api.Phantom{N: n, Shapes: shapes}, api.ErrArg})
 		}

@@ -7,6 +7,7 @@ import (
 
 	"penumbra/api"
 	"penumbra/phantom"
+	"penumbra/sample"
 )
 
 // reads: does Parse answer what the rules say?
@@ -206,7 +207,7 @@ func TestFields(t *testing.T) {
 
 // P8.1: texts of phantoms that aren't sound have the form, but are none's text.
 func TestTextsOfUnsound(t *testing.T) {
-	for _, n := range append(noSides(), 1000) {
+	for _, n := range append(sample.NoSides(), 1000) {
 		noPage(t, fmt.Sprintf("phantom %d\n", n))
 		noPage(t, fmt.Sprintf("phantom %d\nrect 1 1 1 1 1 1\n", n))
 	}

@@ -1,4 +1,4 @@
-// Package sample gives the tests of all layers their numbers: ordinary ones, edges, and any bits, always the same ones in the same order, so that a failure comes again. The program itself does not import it.
+// Package sample gives the tests of all layers their numbers, directions and grids: ordinary ones, edges, and any bits, always the same ones in the same order, so that a failure comes again. The program itself does not import it.
 package sample
 
 import (
@@ -49,6 +49,11 @@ func (d *Dice) Between(low, high int) func() float64 {
 
 // Whole: whole numbers from -2^20 to 2^20.
 func (d *Dice) Whole() float64 { return float64(int(d.Word()%(2*api.MaxPart+1)) - api.MaxPart) }
+
+// UpTo: whole numbers from -most to most.
+func (d *Dice) UpTo(most int) func() float64 {
+	return func() float64 { return float64(int(d.Word()%uint64(2*most+1)) - most) }
+}
 
 // Extreme: -2^20, 0 and 2^20.
 func (d *Dice) Extreme() float64 { return float64((int(d.Word()%3) - 1) * api.MaxPart) }

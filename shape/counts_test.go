@@ -6,6 +6,7 @@ import (
 
 	"penumbra/api"
 	"penumbra/dir"
+	"penumbra/sample"
 	"penumbra/shape"
 )
 
@@ -40,7 +41,7 @@ func TestRowsAndAreas(t *testing.T) {
 			agree(t, s, masked(s, n))
 		}
 	}
-	for _, n := range sides() {
+	for _, n := range sample.Sides() {
 		for _, s := range append(anyShapes(n, 8), append(few(), far()...)...) {
 			agree(t, s, masked(s, n))
 		}
@@ -61,10 +62,10 @@ func TestHits(t *testing.T) {
 			}
 		}
 	}
-	for _, n := range sides() {
+	for _, n := range sample.Sides() {
 		for _, s := range append(anyShapes(n, 3), append(few(), far()...)...) {
 			m := masked(s, n)
-			for _, d := range some() {
+			for _, d := range sample.Dirs() {
 				agreeAlong(t, s, m, d)
 			}
 		}
@@ -107,7 +108,7 @@ func TestCountsByInside(t *testing.T) {
 			if got, e := shape.Area(s, n); right(t, got, e) != area {
 				t.Fatalf("%v, side %d: %d cells, not %d", s, n, got, area)
 			}
-			for _, d := range some() {
+			for _, d := range sample.Dirs() {
 				bins, _ := dir.Bins(n, d)
 				for bin := 0; bin < bins; bin += 1 + n/8 {
 					want := 0
@@ -128,9 +129,9 @@ func TestCountsByInside(t *testing.T) {
 
 // P7.1: a row that the grid has not holds none, whatever the shape has there.
 func TestNoSuchRow(t *testing.T) {
-	for _, n := range sides() {
+	for _, n := range sample.Sides() {
 		for _, s := range append(few(), rect(-1024, -1024, 1024, 1024), rect(-500, -500, 1024, 1024), disc(0, 0, 1024*1024), wedge(-10, -10, 1024, 1024)) {
-			for _, y := range append(ends(), -1024, -2, -1, n, n+1, 64, 1024) {
+			for _, y := range append(sample.Ends(), -1024, -2, -1, n, n+1, 64, 1024) {
 				if from, to, e := shape.Run(s, n, y); from != 0 || to != 0 || e != api.OK {
 					t.Errorf("%v, side %d, row %d: %d, %d, error %d", s, n, y, from, to, e)
 				}
@@ -170,7 +171,7 @@ func TestCountsWrittenOut(t *testing.T) {
 
 // P7.1: what is no shape is told ahead of all, then a side that is none, a direction, a bin.
 func TestRefused(t *testing.T) {
-	wrongSides, wrongDirs := noSides(), noDirs()
+	wrongSides, wrongDirs := sample.NoSides(), sample.NoDirs()
 	for _, s := range noShapes() {
 		for i, n := range append([]int{1, 5, 64}, wrongSides...) {
 			for _, y := range []int{0, -1, 1, math.MaxInt} {
@@ -208,16 +209,16 @@ func TestRefused(t *testing.T) {
 // P7.1: Hits of what is no direction, then of what is no bin.
 func TestHitsRefused(t *testing.T) {
 	for _, s := range few() {
-		for _, n := range sides() {
-			for _, d := range noDirs() {
+		for _, n := range sample.Sides() {
+			for _, d := range sample.NoDirs() {
 				for _, bin := range []int{0, 1, -1, math.MinInt, math.MaxInt} {
 					many, e := shape.Hits(s, n, d, bin)
 					refused(t, "Hits of no direction", many, e, api.ErrDir)
 				}
 			}
-			for _, d := range some() {
+			for _, d := range sample.Dirs() {
 				bins, _ := dir.Bins(n, d)
-				for _, bin := range append(ends(), -1024, -2, -1, bins, bins+1, 2*bins, 1<<20) {
+				for _, bin := range append(sample.Ends(), -1024, -2, -1, bins, bins+1, 2*bins, 1<<20) {
 					many, e := shape.Hits(s, n, d, bin)
 					refused(t, "Hits of no bin", many, e, api.ErrArg)
 				}

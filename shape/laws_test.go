@@ -6,6 +6,7 @@ import (
 
 	"penumbra/api"
 	"penumbra/dir"
+	"penumbra/sample"
 	"penumbra/shape"
 )
 
@@ -36,7 +37,7 @@ func TestCellsFollowOneAnother(t *testing.T) {
 					t.Fatalf("%v, side %d: row or column %d is in parts", s, n, a)
 				}
 			}
-			for _, d := range some() {
+			for _, d := range sample.Dirs() {
 				bins, _ := dir.Bins(n, d)
 				for bin := 0; bin < bins; bin += 1 + n/16 {
 					if cells, _ := dir.Line(n, d, bin); !together(s, cells) {
@@ -70,7 +71,7 @@ func TestRunsAreInside(t *testing.T) {
 // P7.2: Runs add up to Area, and so do Hits over all bins of a direction.
 func TestSums(t *testing.T) {
 	all, _ := dir.All(16)
-	for _, n := range sides() {
+	for _, n := range sample.Sides() {
 		for i, s := range append(anyShapes(n+3, 6), few()...) {
 			area, e := shape.Area(s, n)
 			right(t, area, e)
@@ -99,7 +100,7 @@ func TestSums(t *testing.T) {
 
 // P7.2: the lines along (1, 0) are the rows from below, those along (0, 1) the columns from the left.
 func TestLinesOfRowsAndColumns(t *testing.T) {
-	for _, n := range sides() {
+	for _, n := range sample.Sides() {
 		for _, s := range append(anyShapes(n+4, 6), few()...) {
 			for a := range n {
 				from, to, _ := shape.Run(s, n, n-1-a)

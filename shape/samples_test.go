@@ -14,34 +14,6 @@ func disc(x, y, a int) api.Shape { return api.Shape{Kind: api.Disc, X: x, Y: y, 
 
 func wedge(x, y, a, b int) api.Shape { return api.Shape{Kind: api.Wedge, X: x, Y: y, A: a, B: b} }
 
-// sides: the edges, and ordinary ones, odd and even.
-func sides() []int { return []int{1, 2, 3, 4, 5, 8, 13, 63, 64} }
-
-// noSides: what is no side of a grid.
-func noSides() []int { return append(ends(), -65, -64, -2, -1, 0, 65, 66, 128, 1024) }
-
-// ends: of int, and numbers whose low halves look like small ones.
-func ends() []int {
-	return []int{math.MinInt, math.MinInt + 1, -1 << 62, -1 << 32, -1<<32 + 1, 1 << 31, 1 << 32, 1<<32 + 1, 1<<32 + 3, 1 << 62, math.MaxInt - 1, math.MaxInt}
-}
-
-// some: the directions with an edge about them, and ordinary ones.
-func some() []api.Dir {
-	return []api.Dir{
-		{P: 1}, {Q: 1}, {P: 1, Q: 1}, {P: -1, Q: 1}, {P: 1, Q: 2}, {P: -1, Q: 2}, {P: 2, Q: 1}, {P: -2, Q: 1}, {P: 3, Q: 2}, {P: -3, Q: 5},
-		{P: 16, Q: 1}, {P: -16, Q: 1}, {P: 1, Q: 16}, {P: -1, Q: 16}, {P: 16, Q: 15}, {P: -16, Q: 15}, {P: 15, Q: 16}, {P: -15, Q: 16}, {P: 9, Q: 16}, {P: -7, Q: 12},
-	}
-}
-
-// noDirs: what is no direction.
-func noDirs() []api.Dir {
-	out := []api.Dir{{}, {P: -1}, {P: 2}, {Q: -1}, {Q: 2}, {P: 1, Q: -1}, {P: 2, Q: 2}, {P: -9, Q: 15}, {P: 16, Q: 16}, {P: 17, Q: 1}, {P: -17, Q: 1}, {P: 1, Q: 17}, {P: 17, Q: 16}}
-	for _, a := range ends() {
-		out = append(out, api.Dir{P: a, Q: 1}, api.Dir{P: 1, Q: a}, api.Dir{P: a}, api.Dir{P: a, Q: a})
-	}
-	return out
-}
-
 // shapes: about a grid of side n: in it, across each of its edges and corners, around all of it, beside it and far away.
 func shapes(n int) []api.Shape {
 	var out []api.Shape
@@ -99,22 +71,22 @@ func few() []api.Shape {
 // noShapes: those that have one thing that no shape has, and some that have more.
 func noShapes() []api.Shape {
 	var out []api.Shape
-	for _, kind := range append(ends(), 0, 4, 5, -1, -2, -3, 255, 257) {
+	for _, kind := range append(sample.Ends(), 0, 4, 5, -1, -2, -3, 255, 257) {
 		for _, s := range few() {
 			s.Kind = kind
 			out = append(out, s)
 		}
 	}
-	for _, a := range append(ends(), -1025, 1025, 2048, -4096) {
+	for _, a := range append(sample.Ends(), -1025, 1025, 2048, -4096) {
 		out = append(out, rect(a, 0, 5, 5), rect(0, a, 5, 5), disc(a, 0, 9), disc(0, a, 9), wedge(a, 0, 5, 5), wedge(0, a, 5, 5), rect(a, a, a, a))
 	}
-	for _, a := range append(ends(), -1024, -5, -1, 0, 1025, 1024*1024) {
+	for _, a := range append(sample.Ends(), -1024, -5, -1, 0, 1025, 1024*1024) {
 		out = append(out, rect(0, 0, a, 5), rect(0, 0, 5, a), wedge(0, 0, a, 5), wedge(0, 0, 5, a), wedge(0, 0, a, a))
 	}
-	for _, a := range append(ends(), -1024*1024, -4, -1, 1024*1024+1, 1024*1024+1024) {
+	for _, a := range append(sample.Ends(), -1024*1024, -4, -1, 1024*1024+1, 1024*1024+1024) {
 		out = append(out, disc(0, 0, a))
 	}
-	for _, b := range append(ends(), -1024, -1, 1, 2, 5, 1024) {
+	for _, b := range append(sample.Ends(), -1024, -1, 1, 2, 5, 1024) {
 		s := disc(2, 2, 4)
 		s.B = b
 		out = append(out, s)

@@ -81,7 +81,7 @@ func TestCheckOfSamples(t *testing.T) {
 // places: about where a shape begins and ends along one axis, far beyond it, and where differences, squares and products go round.
 func places(from, long int) []int {
 	out := []int{from - 1, from, from + 1, from + long/2, from + long - 1, from + long, from + long + 1, from - long, from - long - 1, -2048, -2049, 2048, 2049, 4096, 0}
-	out = append(out, ends()...)
+	out = append(out, sample.Ends()...)
 	for power := 11; power < 63; power++ {
 		out = append(out, from+1<<power, from-1<<power)
 	}
@@ -158,7 +158,7 @@ func TestInsideOfNone(t *testing.T) {
 
 // moves: none, to the end of the reach and one beyond it, over all of it and one beyond that, and the ends of int.
 func moves(at int) []int {
-	return append(ends(), 0, 1, -1, 1024-at, 1025-at, -1024-at, -1025-at, 2048, -2048, 2049, -2049)
+	return append(sample.Ends(), 0, 1, -1, 1024-at, 1025-at, -1024-at, -1025-at, 2048, -2048, 2049, -2049)
 }
 
 // P7.1: shapes moved, their other fields as they were, bit by bit, or refused where they would stand beyond the reach.
@@ -184,7 +184,7 @@ func TestMoved(t *testing.T) {
 // P7.1: what is no shape is not moved, also where it would be one at the other place.
 func TestMovedOfNone(t *testing.T) {
 	for _, s := range noShapes() {
-		for _, dx := range append(ends(), 0, 1, -1, -s.X) {
+		for _, dx := range append(sample.Ends(), 0, 1, -1, -s.X) {
 			for _, dy := range []int{0, 1, -1, -s.Y, math.MinInt, math.MaxInt} {
 				got, e := shape.Moved(s, dx, dy)
 				refused(t, "Moved of no shape", got, e, api.ErrShape)
