@@ -3,6 +3,7 @@ package ray_test
 import (
 	"runtime"
 	"testing"
+	"time"
 
 	"penumbra/api"
 	"penumbra/ray"
@@ -68,11 +69,11 @@ func TestWorkersEnd(t *testing.T) {
 	for range 100 {
 		ray.All(sample.Numbered(4), wheel()[:9], 16)
 	}
-	for try := 0; runtime.NumGoroutine() > before; try++ { // one that has told its end may still be leaving
-		if try > 1000000 {
+	for waited := 0; runtime.NumGoroutine() > before; waited++ { // one that has told its end may still be leaving
+		if waited > 10000 {
 			t.Fatalf("%d are left over", runtime.NumGoroutine()-before)
 		}
-		runtime.Gosched()
+		time.Sleep(time.Millisecond)
 	}
 }
 
