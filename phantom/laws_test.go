@@ -13,7 +13,7 @@ import (
 // P8.2: Raster of Join is the sum of both Rasters, and Mass that of both Masses.
 func TestJoinedRasters(t *testing.T) {
 	for _, n := range sides() {
-		all := append(sound(n), anyOf(n, 25)...)
+		all := append(sample.Phantoms(n), sample.AnyPhantoms(n, 25)...)
 		joined := 0
 		for i, a := range all {
 			for j := 0; j < len(all); j += 1 + n/4 {
@@ -55,7 +55,7 @@ func TestJoinedRasters(t *testing.T) {
 // P8.2: Mass is the sum of Raster, which is always a sound grid.
 func TestMassIsTheSum(t *testing.T) {
 	for _, n := range sides() {
-		for _, p := range append(sound(n), anyOf(n, 40)...) {
+		for _, p := range append(sample.Phantoms(n), sample.AnyPhantoms(n, 40)...) {
 			g, e := phantom.Raster(p)
 			if right(t, g, e); grid.Check(g) != api.OK {
 				t.Fatalf("%v: its grid isn't sound", p)
@@ -72,7 +72,7 @@ func TestMassIsTheSum(t *testing.T) {
 // P8.3: a value stands where the move has led it, also far outside of the field of view.
 func TestMovedValues(t *testing.T) {
 	for _, n := range []int{1, 4, 9} {
-		for _, p := range append(anyOf(n, 25), sound(n)...) {
+		for _, p := range append(sample.AnyPhantoms(n, 25), sample.Phantoms(n)...) {
 			for _, d := range [][2]int{{0, 0}, {1, 0}, {0, -1}, {-3, 5}, {n, n}, {1000, -1000}, {-1000, 1000}, {1024, 0}, {0, -1024}} {
 				moved, e := phantom.Moved(p, d[0], d[1])
 				if _, ok := movedBy(p, d[0], d[1]); !ok {
@@ -99,7 +99,7 @@ func TestMovedValues(t *testing.T) {
 
 // P8.3: what does not leave the field of view is moved as the grid's cells are.
 func TestMovedRaster(t *testing.T) {
-	p := of(20, rect(5, 6, 4, 3, 7-1i), disc(9, 9, 10, -2i), wedge(8, 5, 5, 6, 11))
+	p := sample.Phantom(20, sample.Rect(5, 6, 4, 3, 7-1i), sample.Disc(9, 9, 10, -2i), sample.Wedge(8, 5, 5, 6, 11))
 	g, e := phantom.Raster(p)
 	right(t, g, e)
 	for dx := -5; dx <= 5; dx++ {
@@ -119,11 +119,11 @@ func TestMovedRaster(t *testing.T) {
 // P8.4: what Text tells Parse reads, with all bits; and Text of that is the same text.
 func TestThereAndBack(t *testing.T) {
 	for n := 1; n <= 64; n++ {
-		for _, p := range append(sound(n), anyOf(n+64*3, 3)...) {
+		for _, p := range append(sample.Phantoms(n), sample.AnyPhantoms(n+64*3, 3)...) {
 			p.N = n
 			text, e := phantom.Text(p)
 			back, e2 := phantom.Parse(right(t, text, e))
-			if !alike(right(t, back, e2), p) {
+			if !sample.SamePhantom(right(t, back, e2), p) {
 				t.Fatalf("%v has become %v", p, back)
 			}
 			again, e := phantom.Text(back)

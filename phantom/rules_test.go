@@ -59,20 +59,6 @@ func number(re, im int) complex128 { return complex(float64(re), float64(im)) }
 // value: noughts of it are +0, since 0 is the only whole number that is one.
 func value(p api.Phantom, x, y int) complex128 { return number(sums(p, x, y)) }
 
-// alike: the same fields, the worths bit by bit.
-func alike(a, b api.Phantom) bool {
-	if a.N != b.N || len(a.Shapes) != len(b.Shapes) {
-		return false
-	}
-	for i, s := range a.Shapes {
-		r := b.Shapes[i]
-		if s.Kind != r.Kind || s.X != r.X || s.Y != r.Y || s.A != r.A || s.B != r.B || !sample.Agree(s.Worth, r.Worth) {
-			return false
-		}
-	}
-	return true
-}
-
 // told: the text of a sound phantom.
 func told(p api.Phantom) string {
 	out := fmt.Sprintf("phantom %d\n", p.N)
@@ -112,11 +98,11 @@ func written(s string) (api.Phantom, bool) {
 		case i == 0 && len(found) > 0:
 			p.N = found[0]
 		case words[0] == "disc" && len(found) == 5:
-			p.Shapes = append(p.Shapes, disc(found[0], found[1], found[2], number(found[3], found[4])))
+			p.Shapes = append(p.Shapes, sample.Disc(found[0], found[1], found[2], number(found[3], found[4])))
 		case words[0] == "rect" && len(found) == 6:
-			p.Shapes = append(p.Shapes, rect(found[0], found[1], found[2], found[3], number(found[4], found[5])))
+			p.Shapes = append(p.Shapes, sample.Rect(found[0], found[1], found[2], found[3], number(found[4], found[5])))
 		case words[0] == "wedge" && len(found) == 6:
-			p.Shapes = append(p.Shapes, wedge(found[0], found[1], found[2], found[3], number(found[4], found[5])))
+			p.Shapes = append(p.Shapes, sample.Wedge(found[0], found[1], found[2], found[3], number(found[4], found[5])))
 		}
 	}
 	if !whole.MatchString(strings.Join(lines, "\n")) || fault(p) != api.OK {

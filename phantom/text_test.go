@@ -15,7 +15,7 @@ func reads(t *testing.T, s string) {
 	t.Helper()
 	got, e := phantom.Parse(s)
 	want, ok := written(s)
-	if !ok && (e != api.ErrPage || !noPhantom(got)) || ok && (e != api.OK || !alike(got, want)) {
+	if !ok && (e != api.ErrPage || !noPhantom(got)) || ok && (e != api.OK || !sample.SamePhantom(got, want)) {
 		t.Fatalf("%.200q: %v, error %d, not %v, %v", s, got, e, want, ok)
 	}
 }
@@ -31,16 +31,16 @@ func noPage(t *testing.T, s string) {
 // P8.1: texts of all sides, of shapes of each kind with each worth, and of up to 16 of them.
 func TestText(t *testing.T) {
 	for n := 1; n <= 64; n++ {
-		for _, p := range sound(n) {
+		for _, p := range sample.Phantoms(n) {
 			if got, e := phantom.Text(p); right(t, got, e) != told(p) {
 				t.Fatalf("%v: %q", p, got)
 			}
 			reads(t, told(p))
 		}
 	}
-	for _, s := range few() {
-		for _, s.Worth = range worths() {
-			p := of(5, s, s)
+	for _, s := range sample.Shapes() {
+		for _, s.Worth = range sample.Worths() {
+			p := sample.Phantom(5, s, s)
 			if got, e := phantom.Text(p); right(t, got, e) != told(p) {
 				t.Fatalf("%v: %q", p, got)
 			}
@@ -52,18 +52,18 @@ func TestText(t *testing.T) {
 // P8.1: texts that are written out, each of a phantom.
 func TestTextWrittenOut(t *testing.T) {
 	for s, p := range map[string]api.Phantom{
-		"phantom 1\n":                               of(1),
-		"phantom 64\n":                              of(64),
-		"phantom 10\nrect 0 0 1 1 0 0\n":            of(10, rect(0, 0, 1, 1, 0)),
-		"phantom 2\ndisc -1 -20 0 -300 0\n":         of(2, disc(-1, -20, 0, -300)),
-		"phantom 7\nwedge -7 8 9 10 -65536 65536\n": of(7, wedge(-7, 8, 9, 10, -65536+65536i)),
-		"phantom 9\ndisc -1024 1024 1048576 0 -1\n": of(9, disc(-1024, 1024, 1048576, -1i)),
-		"phantom 3\nrect 1 2 3 4 5 6\nrect 1 2 3 4 5 6\nwedge 1 2 3 4 5 6\ndisc 1 2 3 4 5\n": of(3, rect(1, 2, 3, 4, 5+6i), rect(1, 2, 3, 4, 5+6i), wedge(1, 2, 3, 4, 5+6i), disc(1, 2, 3, 4+5i)),
+		"phantom 1\n":                               sample.Phantom(1),
+		"phantom 64\n":                              sample.Phantom(64),
+		"phantom 10\nrect 0 0 1 1 0 0\n":            sample.Phantom(10, sample.Rect(0, 0, 1, 1, 0)),
+		"phantom 2\ndisc -1 -20 0 -300 0\n":         sample.Phantom(2, sample.Disc(-1, -20, 0, -300)),
+		"phantom 7\nwedge -7 8 9 10 -65536 65536\n": sample.Phantom(7, sample.Wedge(-7, 8, 9, 10, -65536+65536i)),
+		"phantom 9\ndisc -1024 1024 1048576 0 -1\n": sample.Phantom(9, sample.Disc(-1024, 1024, 1048576, -1i)),
+		"phantom 3\nrect 1 2 3 4 5 6\nrect 1 2 3 4 5 6\nwedge 1 2 3 4 5 6\ndisc 1 2 3 4 5\n": sample.Phantom(3, sample.Rect(1, 2, 3, 4, 5+6i), sample.Rect(1, 2, 3, 4, 5+6i), sample.Wedge(1, 2, 3, 4, 5+6i), sample.Disc(1, 2, 3, 4+5i)),
 	} {
 		if got, e := phantom.Text(p); right(t, got, e) != s {
 			t.Errorf("%v: %q", p, got)
 		}
-		if got, e := phantom.Parse(s); !alike(right(t, got, e), p) {
+		if got, e := phantom.Parse(s); !sample.SamePhantom(right(t, got, e), p) {
 			t.Errorf("%q: %v", s, got)
 		}
 	}
@@ -73,7 +73,7 @@ func TestTextWrittenOut(t *testing.T) {
 func pages() []string {
 	return []string{
 		"phantom 4\n", "phantom 64\n", "phantom 4\nrect 1 1 2 2 5 -1\ndisc 0 0 1 2 0\n", "phantom 10\nwedge -1024 10 3 1024 0 -65536\nrect -1 0 10 1 65536 0\n", "phantom 1\ndisc 0 -10 1048576 -1 0\nwedge 0 0 1 1 0 0\n",
-		told(of(20, many(16)...)), told(anyOf(30, 1)[0]),
+		told(sample.Phantom(20, sample.Many(16)...)), told(sample.AnyPhantoms(30, 1)[0]),
 	}
 }
 
@@ -211,21 +211,21 @@ func TestTextsOfUnsound(t *testing.T) {
 		noPage(t, fmt.Sprintf("phantom %d\n", n))
 		noPage(t, fmt.Sprintf("phantom %d\nrect 1 1 1 1 1 1\n", n))
 	}
-	for _, s := range noShapes() {
+	for _, s := range sample.NoShapes() {
 		if s.Kind >= 1 && s.Kind <= 3 && (s.Kind != api.Disc || s.B == 0) {
-			noPage(t, told(of(4, s)))
-			noPage(t, told(of(4, few()[0], s, few()[1])))
+			noPage(t, told(sample.Phantom(4, s)))
+			noPage(t, told(sample.Phantom(4, sample.Shapes()[0], s, sample.Shapes()[1])))
 		}
 	}
 	for _, w := range []complex128{65537, -65537, 65537i, -65537i, 1 << 40, -1 << 62, 65536 + 1e6i} {
-		for _, s := range few() {
+		for _, s := range sample.Shapes() {
 			s.Worth = w
-			noPage(t, told(of(4, s)))
-			noPage(t, told(of(4, few()[0], s, few()[1])))
+			noPage(t, told(sample.Phantom(4, s)))
+			noPage(t, told(sample.Phantom(4, sample.Shapes()[0], s, sample.Shapes()[1])))
 		}
 	}
 	for k := range 40 {
-		s := told(of(4, many(k)...))
+		s := told(sample.Phantom(4, sample.Many(k)...))
 		if got, e := phantom.Parse(s); k <= 16 {
 			right(t, got, e)
 		} else {
@@ -246,16 +246,16 @@ func TestLongTexts(t *testing.T) {
 	// The longest text that there is.
 	all := make([]api.Shape, 16)
 	for i := range all {
-		all[i] = rect(-1024, -1024, 1024, 1024, -65536-65536i)
+		all[i] = sample.Rect(-1024, -1024, 1024, 1024, -65536-65536i)
 		if i%2 == 1 {
-			all[i] = disc(-1024, -1024, 1048576, -65536-65536i)
+			all[i] = sample.Disc(-1024, -1024, 1048576, -65536-65536i)
 		}
 		if i%3 == 1 {
-			all[i] = wedge(-1024, -1024, 1024, 1024, -65536-65536i)
+			all[i] = sample.Wedge(-1024, -1024, 1024, 1024, -65536-65536i)
 		}
 	}
-	got, e := phantom.Parse(told(of(64, all...)))
-	if !alike(right(t, got, e), of(64, all...)) {
+	got, e := phantom.Parse(told(sample.Phantom(64, all...)))
+	if !sample.SamePhantom(right(t, got, e), sample.Phantom(64, all...)) {
 		t.Error(got)
 	}
 }

@@ -15,7 +15,7 @@ func TestBinsAddUp(t *testing.T) {
 		for _, g := range sample.Grids(n) {
 			sum, e := grid.Sum(g)
 			right(t, sum, e)
-			for _, d := range append(sample.Dirs(), wheel()[n:n+10]...) {
+			for _, d := range append(sample.Dirs(), sample.Wheel()[n:n+10]...) {
 				p, e := ray.Project(g, d)
 				if got := total(right(t, p, e).Bins).number(); got != sum {
 					t.Fatalf("side %d, along %v: %v, not %v", n, d, got, sum)
@@ -89,7 +89,7 @@ func TestGridsTimes(t *testing.T) {
 func TestTheOtherWay(t *testing.T) {
 	dice := sample.Dice(93)
 	for _, n := range sample.Sides() {
-		for _, d := range append(sample.Dirs(), wheel()[2*n:2*n+20]...) {
+		for _, d := range append(sample.Dirs(), sample.Wheel()[2*n:2*n+20]...) {
 			many := bins(n, d)
 			for _, most := range []int{1, 16, 255, 256} {
 				g := api.Grid{N: n, Cells: dice.List(n*n, dice.UpTo(most))}

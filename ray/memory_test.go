@@ -1,7 +1,6 @@
 package ray_test
 
 import (
-	"math"
 	"slices"
 	"testing"
 
@@ -21,8 +20,8 @@ func TestGridsAreNotChanged(t *testing.T) {
 			same := api.Grid{N: g.N, Cells: cells}
 			ray.Project(same, api.Dir{P: 3, Q: 2})
 			ray.Project(same, api.Dir{P: 2, Q: 2})
-			ray.All(same, wheel()[:5], 3)
-			ray.All(same, wheel()[:65], 3)
+			ray.All(same, sample.Wheel()[:5], 3)
+			ray.All(same, sample.Wheel()[:65], 3)
 		})
 		if changed {
 			t.Fatalf("side %d, %d cells: changed", g.N, len(g.Cells))
@@ -52,7 +51,7 @@ func TestListsAreNotChanged(t *testing.T) {
 
 // P9.4: nor are lists of directions.
 func TestDirsAreNotChanged(t *testing.T) {
-	all := append(lists(), wheel(), sample.NoDirs(), append(sample.Dirs(), sample.Dirs()...), append(sample.Dirs(), sample.NoDirs()...))
+	all := append(sample.DirLists(), sample.Wheel(), sample.NoDirs(), append(sample.Dirs(), sample.Dirs()...), append(sample.Dirs(), sample.NoDirs()...))
 	for _, dirs := range all {
 		for _, workers := range []int{0, 1, 2, 16} {
 			room := append(slices.Clone(dirs), api.Dir{P: -16, Q: 1}, api.Dir{P: 7, Q: -7}, api.Dir{P: 1})
@@ -87,51 +86,24 @@ func TestAnswersAreNew(t *testing.T) {
 	}
 }
 
-// copied: a sinogram in memory of its own.
-func copied(s api.Sino) api.Sino {
-	out := api.Sino{N: s.N}
-	for _, p := range s.Projs {
-		out.Projs = append(out.Projs, api.Proj{Dir: p.Dir, Bins: slices.Clone(p.Bins)})
-	}
-	return out
-}
-
-// overwrite: a list with the room behind it.
-func overwrite(list []complex128) {
-	list = list[:cap(list)]
-	for i := range list {
-		list[i] = complex(7, math.NaN())
-	}
-}
-
 // P9.4: no two lists of All's answer share memory, none does with an argument, and none with another answer.
 func TestManyAnswersAreNew(t *testing.T) {
 	for _, n := range []int{1, 2, 13} {
 		for _, workers := range []int{1, 4, 16} {
-			dirs := wheel()[:40]
+			dirs := sample.Wheel()[:40]
 			g := sample.Numbered(n)
-			first, e := ray.All(g, dirs, workers)
-			second, e2 := ray.All(g, dirs, workers)
-			want := copied(right(t, first, e))
-			for i := range first.Projs {
-				overwrite(first.Projs[i].Bins)
-				for j := i + 1; j < len(dirs); j++ {
-					if !alike(first.Projs[j], want.Projs[j]) {
-						t.Fatalf("side %d: bins %d and %d share memory", n, i, j)
-					}
-				}
+			shares := sample.SharedSino(func() api.Sino {
+				s, e := ray.All(g, dirs, workers)
+				return right(t, s, e)
+			})
+			if shares != "" {
+				t.Fatalf("side %d: the bins share memory with %s", n, shares)
 			}
-			room := first.Projs[:cap(first.Projs)]
-			for i := range room {
-				room[i] = api.Proj{Dir: api.Dir{P: 99}}
-			}
-			third, e3 := ray.All(g, dirs, workers)
-			if !alikeAll(right(t, second, e2), want) || !alikeAll(right(t, third, e3), want) {
-				t.Fatalf("side %d: two answers share memory", n)
-			}
-			overwrite(g.Cells)
-			dirs[0], dirs[39] = api.Dir{}, api.Dir{}
-			if !alikeAll(second, want) {
+			s, e := ray.All(g, dirs, workers)
+			want := sample.CopySino(right(t, s, e))
+			clear(g.Cells)
+			clear(dirs)
+			if !sample.SameSino(s, want) {
 				t.Fatalf("side %d: an argument shows in the answer later", n)
 			}
 		}
@@ -141,7 +113,7 @@ func TestManyAnswersAreNew(t *testing.T) {
 // P1, rule 5: calls at the same time do not show in each other's answers.
 func TestAtTheSameTime(t *testing.T) {
 	done := make(chan bool)
-	g, dirs := sample.Grids(13)[5], wheel()[:30]
+	g, dirs := sample.Grids(13)[5], sample.Wheel()[:30]
 	want := oneByOne(t, g, dirs)
 	for k := range 8 {
 		go func() {
@@ -152,7 +124,7 @@ func TestAtTheSameTime(t *testing.T) {
 				f, _ := ray.Spread(13, p)
 				v, _ := ray.Dot(p.Bins, p.Bins)
 				part := api.Sino{N: 13, Projs: want.Projs[k:]}
-				well = well && e == api.OK && alikeAll(s, part) && alike(p, part.Projs[0]) && alikeFields(f, spread(13, p)) && v == dotted(p.Bins, p.Bins)
+				well = well && e == api.OK && sample.SameSino(s, part) && sample.SameProj(p, part.Projs[0]) && alikeFields(f, spread(13, p)) && v == dotted(p.Bins, p.Bins)
 			}
 			done <- well
 		}()

@@ -15,7 +15,7 @@ func four() api.Grid { return api.Grid{N: 2, Cells: []complex128{1, 2, 3, 4}} }
 // P9.1: the chapter's examples.
 func TestExamples(t *testing.T) {
 	for d, want := range map[api.Dir][]complex128{{P: 1}: {7, 3}, {Q: 1}: {4, 6}, {P: 1, Q: 1}: {3, 5, 2}, {P: -1, Q: 1}: {1, 5, 4}} {
-		if p, e := ray.Project(four(), d); !alike(right(t, p, e), api.Proj{Dir: d, Bins: want}) {
+		if p, e := ray.Project(four(), d); !sample.SameProj(right(t, p, e), api.Proj{Dir: d, Bins: want}) {
 			t.Errorf("along %v: %v", d, p)
 		}
 	}
@@ -52,7 +52,7 @@ func TestProjectWrittenOut(t *testing.T) {
 		{waste, api.Dir{P: 1, Q: 1}, []complex128{2, -3, 2 - 7i, -1 + 7i, 0}},
 		{sample.Filled(3, 0), api.Dir{P: 1, Q: 1}, make([]complex128, 5)},
 	} {
-		if p, e := ray.Project(c.g, c.d); !alike(right(t, p, e), api.Proj{Dir: c.d, Bins: c.want}) {
+		if p, e := ray.Project(c.g, c.d); !sample.SameProj(right(t, p, e), api.Proj{Dir: c.d, Bins: c.want}) {
 			t.Errorf("along %v: %v, not %v", c.d, p.Bins, c.want)
 		}
 	}
@@ -67,16 +67,16 @@ func TestProject(t *testing.T) {
 	for _, n := range sample.Sides() {
 		for _, g := range sample.Grids(n) {
 			for _, d := range sample.Dirs() {
-				if p, e := ray.Project(g, d); !alike(right(t, p, e), projected(g, d)) {
+				if p, e := ray.Project(g, d); !sample.SameProj(right(t, p, e), projected(g, d)) {
 					t.Fatalf("side %d, along %v: not the sums of its lines", n, d)
 				}
 			}
 		}
 	}
 	for n := 1; n <= 6; n++ {
-		for _, d := range wheel() {
+		for _, d := range sample.Wheel() {
 			g := sample.Numbered(n)
-			if p, e := ray.Project(g, d); !alike(right(t, p, e), projected(g, d)) {
+			if p, e := ray.Project(g, d); !sample.SameProj(right(t, p, e), projected(g, d)) {
 				t.Fatalf("side %d, along %v: %v", n, d, p.Bins)
 			}
 		}
@@ -87,7 +87,7 @@ func TestProject(t *testing.T) {
 func TestProjectByLines(t *testing.T) {
 	for _, n := range sample.Sides() {
 		g := sample.Grids(n)[3]
-		for _, d := range append(sample.Dirs(), wheel()[:20]...) {
+		for _, d := range append(sample.Dirs(), sample.Wheel()[:20]...) {
 			many, e := dir.Bins(n, d)
 			want := make([]pair, right(t, many, e))
 			for cell, v := range g.Cells {
@@ -116,7 +116,7 @@ func TestProjectOneCell(t *testing.T) {
 				bin, _ := dir.Index(n, d, cell%n, cell/n)
 				want := make([]complex128, bins(n, d))
 				want[bin] = -3i
-				if !alike(right(t, p, e), api.Proj{Dir: d, Bins: want}) {
+				if !sample.SameProj(right(t, p, e), api.Proj{Dir: d, Bins: want}) {
 					t.Fatalf("side %d, along %v, cell %d: %v", n, d, cell, p.Bins)
 				}
 			}
@@ -154,7 +154,7 @@ func TestSpread(t *testing.T) {
 		}
 	}
 	for n := 1; n <= 6; n++ {
-		for _, d := range wheel() {
+		for _, d := range sample.Wheel() {
 			all := anyBins(bins(n, d))
 			p := api.Proj{Dir: d, Bins: all[len(all)-1]}
 			if f, e := ray.Spread(n, p); !alikeFields(right(t, f, e), spread(n, p)) {
@@ -167,7 +167,7 @@ func TestSpread(t *testing.T) {
 // P9.1: each cell has the bin that layer 6's Index tells, and bins on which no cell lies show nowhere.
 func TestSpreadByLines(t *testing.T) {
 	for _, n := range sample.Sides() {
-		for _, d := range append(sample.Dirs(), wheel()[:20]...) {
+		for _, d := range append(sample.Dirs(), sample.Wheel()[:20]...) {
 			all := anyBins(bins(n, d))
 			numbers := all[len(all)-1]
 			f, e := ray.Spread(n, api.Proj{Dir: d, Bins: numbers})

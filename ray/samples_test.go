@@ -6,19 +6,8 @@ import (
 	"testing"
 
 	"penumbra/api"
-	"penumbra/dir"
 	"penumbra/sample"
 )
-
-// wheel: all directions, those that stand near each other in the list being of unlike angles.
-func wheel() []api.Dir {
-	all, _ := dir.All(16)
-	out := make([]api.Dir, len(all))
-	for i := range all {
-		out[i] = all[i*67%len(all)]
-	}
-	return out
-}
 
 // noWorkers: what is no number of workers.
 func noWorkers() []int {
@@ -35,14 +24,6 @@ func anyBins(many int) [][]complex128 {
 	}
 	return append(out, numbers)
 }
-
-// alike: the same direction, and the same bits in each bin, NaNs with theirs.
-func alike(a, b api.Proj) bool {
-	return a.Dir == b.Dir && slices.Equal(sample.Bits(a.Bins), sample.Bits(b.Bins))
-}
-
-// alikeAll: likewise of many, of one side.
-func alikeAll(a, b api.Sino) bool { return a.N == b.N && slices.EqualFunc(a.Projs, b.Projs, alike) }
 
 // alikeFields: the same side, and the same bits in each cell, NaNs with theirs.
 func alikeFields(a, b api.Grid) bool {

@@ -39,3 +39,65 @@ func NoDirs() []api.Dir {
 	}
 	return out
 }
+
+// Wheel: all directions there are, those that stand near each other in the list being of unlike angles.
+func Wheel() []api.Dir {
+	all := []api.Dir{{P: 1}}
+	for q := 1; q <= api.MaxStep; q++ {
+		for p := -api.MaxStep; p <= api.MaxStep; p++ {
+			if divisor(p, q) == 1 {
+				all = append(all, api.Dir{P: p, Q: q})
+			}
+		}
+	}
+	out := make([]api.Dir, len(all))
+	for i := range all {
+		out[i] = all[i*67%len(all)]
+	}
+	return out
+}
+
+// divisor: the greatest number that divides both.
+func divisor(p, q int) int {
+	for d := q; ; d-- {
+		if p%d == 0 && q%d == 0 {
+			return d
+		}
+	}
+}
+
+// DirLists: of no direction (both ways of saying it), of one, of as many as there may be, and of some, in no order of their angles.
+func DirLists() [][]api.Dir {
+	all := Wheel()
+	return [][]api.Dir{nil, {}, {{P: 1}}, {{P: -16, Q: 15}}, all[:2], all[3:18], all[50:67], all[:63], all[:64], all[256:], Dirs()}
+}
+
+// A DirFlaw is a list of directions along which nothing is projected, with the error that is to be told of it.
+type DirFlaw struct {
+	Dirs []api.Dir
+	Want api.Errno
+}
+
+// DirFlaws: too many, one that is none, one that stands twice; each alone and ahead of those that come behind it.
+func DirFlaws() []DirFlaw {
+	all := Wheel()
+	one, other, none, far := all[0], all[1], api.Dir{P: 2, Q: 2}, api.Dir{P: 17, Q: 1}
+	behind := func(many int, d api.Dir) []api.Dir { return append(all[:many:many], d) }
+	out := []DirFlaw{
+		{all[:65], api.ErrLong}, {all[:66], api.ErrLong}, {all, api.ErrLong}, {make([]api.Dir, 65), api.ErrLong}, {append([]api.Dir{one}, all[:64]...), api.ErrLong}, {behind(64, none), api.ErrLong}, {make([]api.Dir, 70000), api.ErrLong},
+		{[]api.Dir{none}, api.ErrDir}, {[]api.Dir{{}}, api.ErrDir}, {make([]api.Dir, 64), api.ErrDir}, {behind(63, none), api.ErrDir}, {append([]api.Dir{far}, all[:63]...), api.ErrDir},
+		{[]api.Dir{none, none}, api.ErrDir}, {[]api.Dir{none, one, one}, api.ErrDir}, {[]api.Dir{one, none, one}, api.ErrDir}, {[]api.Dir{far, other, one, other}, api.ErrDir},
+		{[]api.Dir{one, one}, api.ErrTwice}, {[]api.Dir{one, other, one}, api.ErrTwice}, {[]api.Dir{other, one, one}, api.ErrTwice}, {behind(63, one), api.ErrTwice}, {behind(63, all[62]), api.ErrTwice}, {behind(63, all[31]), api.ErrTwice},
+		{[]api.Dir{one, one, none}, api.ErrTwice}, {[]api.Dir{one, other, one, far}, api.ErrTwice}, {[]api.Dir{one, one, one}, api.ErrTwice},
+	}
+	for _, d := range NoDirs() {
+		out = append(out, DirFlaw{[]api.Dir{one, d, one}, api.ErrDir})
+	}
+	for i := 1; i < 64; i++ { // wherever the first of the two stands, and the second
+		for j := range i {
+			twice := behind(i, all[j])
+			out = append(out, DirFlaw{append(twice, all[i+1:64]...), api.ErrTwice})
+		}
+	}
+	return out
+}

@@ -2,8 +2,12 @@ package sample_test
 
 import (
 	"math"
+	"slices"
 	"testing"
 
+	"penumbra/api"
+	"penumbra/dir"
+	"penumbra/phantom"
 	"penumbra/sample"
 )
 
@@ -44,5 +48,75 @@ func TestAgree(t *testing.T) {
 	nan, other := math.NaN(), math.Float64frombits(0xfff0000000000001)
 	if !sample.Agree(complex(1, nan), complex(1, other)) || sample.Agree(complex(0, 1), complex(sample.MinusNought(), 1)) || sample.Agree(1+2i, 2+1i) || sample.Agree(complex(nan, 0), 0) {
 		t.Error("Agree")
+	}
+}
+
+// The look at many projections must find lists that are one memory.
+func TestSharedSinosAreFound(t *testing.T) {
+	fresh := func() api.Sino {
+		return api.Sino{N: 1, Projs: []api.Proj{{Bins: []complex128{1}}, {Bins: []complex128{2}}}}
+	}
+	pieces := func(first, second []complex128) api.Sino {
+		return api.Sino{N: 1, Projs: []api.Proj{{Bins: first}, {Bins: second}}}
+	}
+	bins, kept := []complex128{1, 2}, fresh()
+	for name, call := range map[string]func() api.Sino{
+		"one list for both":       func() api.Sino { list := []complex128{1}; return pieces(list, list) },
+		"room that holds another": func() api.Sino { list := []complex128{1, 2}; return pieces(list[:1], list[1:]) },
+		"bins of all answers":     func() api.Sino { return pieces([]complex128{1}, bins) },
+		"one list of projections": func() api.Sino { return kept },
+	} {
+		if sample.SharedSino(call) == "" {
+			t.Errorf("%s: not found", name)
+		}
+	}
+	if sample.SharedSino(fresh) != "" || !sample.SameSino(sample.CopySino(fresh()), fresh()) || sample.SameSino(fresh(), api.Sino{N: 1}) {
+		t.Error("a fault is found where there is none, or an unlike one is the same")
+	}
+}
+
+// Phantoms agree field by field, and a copy is not what is written over.
+func TestPhantomsAgree(t *testing.T) {
+	for _, p := range sample.Phantoms(5) {
+		same, whole := sample.SparePhantom(p)
+		kept := sample.CopyPhantom(same)
+		if phantom.Check(p) != api.OK || !sample.SamePhantom(same, p) {
+			t.Fatalf("%v has become %v", p, same)
+		}
+		sample.WipePhantom(whole)
+		if !sample.SamePhantom(kept, p) || len(p.Shapes) > 0 && sample.SamePhantom(same, p) {
+			t.Fatalf("%v has become %v, written over %v", p, kept, same)
+		}
+	}
+	p := sample.Phantom(5, sample.Rect(1, 2, 3, 4, 5))
+	for _, q := range []api.Phantom{sample.Phantom(4, p.Shapes...), sample.Phantom(5), sample.Phantom(5, sample.Rect(1, 2, 3, 5, 5)), sample.Phantom(5, sample.Rect(1, 2, 3, 4, 5+1i)), sample.Phantom(5, sample.Rect(1, 2, 3, 4, complex(5, sample.MinusNought())))} {
+		if sample.SamePhantom(p, q) {
+			t.Errorf("%v is not told from %v", q, p)
+		}
+	}
+	for _, f := range sample.Flaws() {
+		if phantom.Check(f.Phantom) != f.Want {
+			t.Fatalf("%v is no phantom of error %d", f.Phantom, f.Want)
+		}
+	}
+}
+
+// The wheel has every direction once, and lists are refused just if they have a flaw.
+func TestDirsAreRight(t *testing.T) {
+	all, _ := dir.All(api.MaxStep)
+	wheel := sample.Wheel()
+	slices.SortFunc(wheel, dir.Cmp)
+	if !slices.Equal(wheel, all) {
+		t.Error("the wheel is not all directions")
+	}
+	for _, f := range sample.DirFlaws() {
+		if _, e := dir.Katz(1, f.Dirs); len(f.Dirs) <= api.MaxDirs && e != f.Want || len(f.Dirs) > api.MaxDirs && f.Want != api.ErrLong {
+			t.Errorf("%v: error %d, not %d", f.Dirs, e, f.Want)
+		}
+	}
+	for _, list := range sample.DirLists() {
+		if _, e := dir.Katz(1, list); e != api.OK || len(list) > api.MaxDirs {
+			t.Errorf("%v: error %d", list, e)
+		}
 	}
 }
