@@ -8,7 +8,9 @@ import (
 	"penumbra/api"
 	"penumbra/dir"
 	"penumbra/phantom"
+	"penumbra/ray"
 	"penumbra/sample"
+	"penumbra/sino"
 )
 
 // The looks at memory must find what they look for.
@@ -72,6 +74,58 @@ func TestSharedSinosAreFound(t *testing.T) {
 	}
 	if sample.SharedSino(fresh) != "" || !sample.SameSino(sample.CopySino(fresh()), fresh()) || sample.SameSino(fresh(), api.Sino{N: 1}) {
 		t.Error("a fault is found where there is none, or an unlike one is the same")
+	}
+}
+
+// The look at projections that are handed in must find every change of them, and answers that share their memory.
+func TestChangedSinosAreFound(t *testing.T) {
+	s := sample.Blanks(2, sample.Dirs()[:3])
+	for name, call := range map[string]func(api.Sino){
+		"a bin":                  func(s api.Sino) { s.Projs[1].Bins[0]++ },
+		"room behind bins":       func(s api.Sino) { _ = append(s.Projs[2].Bins, 9) },
+		"a direction":            func(s api.Sino) { s.Projs[0].Dir.P++ },
+		"room behind them":       func(s api.Sino) { _ = append(s.Projs, api.Proj{}) },
+		"projections exchanged":  func(s api.Sino) { s.Projs[0], s.Projs[1] = s.Projs[1], s.Projs[0] },
+		"bins in another memory": func(s api.Sino) { s.Projs[0].Bins = slices.Clone(s.Projs[0].Bins) },
+		"bins that are less":     func(s api.Sino) { s.Projs[0].Bins = s.Projs[0].Bins[:1] },
+		"bins with less room":    func(s api.Sino) { s.Projs[0].Bins = slices.Clip(s.Projs[0].Bins) },
+	} {
+		if !sample.ChangedSino(s, call) {
+			t.Errorf("%s: not found", name)
+		}
+	}
+	if sample.ChangedSino(s, func(s api.Sino) { sample.CopySino(s) }) || sample.SharedSinos(s, sample.CopySino) != "" {
+		t.Error("a fault is found where there is none")
+	}
+	for name, call := range map[string]func(api.Sino) api.Sino{
+		"itself":            func(s api.Sino) api.Sino { return s },
+		"the list":          func(s api.Sino) api.Sino { return api.Sino{N: 2, Projs: s.Projs[:1]} },
+		"one list of bins":  func(s api.Sino) api.Sino { return api.Sino{N: 2, Projs: []api.Proj{s.Projs[1]}} },
+		"a piece of a list": func(s api.Sino) api.Sino { return api.Sino{N: 2, Projs: []api.Proj{{Bins: s.Projs[1].Bins[1:]}}} },
+	} {
+		if sample.SharedSinos(s, call) == "" {
+			t.Errorf("%s: not found", name)
+		}
+	}
+}
+
+// Projections are sound just if they have no flaw, and those of a grid are what rays tell.
+func TestSinosAreRight(t *testing.T) {
+	for _, n := range sample.Sides() {
+		for _, s := range sample.Sinos(n) {
+			if e := sino.Check(s); e != api.OK {
+				t.Fatalf("side %d, %d projections: error %d", n, len(s.Projs), e)
+			}
+		}
+		g, dirs := sample.Grids(n)[3], sample.Dirs()
+		if s, e := ray.All(g, dirs, 4); e != api.OK || !sample.SameSino(s, sample.Seen(g, dirs)) {
+			t.Fatalf("side %d: not what rays tell, error %d", n, e)
+		}
+	}
+	for _, f := range sample.SinoFlaws() {
+		if e := sino.Check(f.Sino); e != f.Want {
+			t.Fatalf("side %d, along %v: error %d, not %d", f.Sino.N, sino.Dirs(f.Sino), e, f.Want)
+		}
 	}
 }
 
