@@ -40,7 +40,7 @@ func TestBlind(t *testing.T) {
 	}
 	for _, s := range sizes() {
 		for _, h := range ghosts(s[0], s[1]) {
-			for _, d := range append(sample.Dirs(), small()...) {
+			for _, d := range append(sample.Dirs(), sample.Short()...) {
 				checkBlind(t, h, d)
 			}
 		}
@@ -95,7 +95,7 @@ func TestBlindGreatest(t *testing.T) {
 
 // P13.1: what is no direction.
 func TestBlindNoDirs(t *testing.T) {
-	for _, h := range []api.Ghost{filled(1, 1, 0), filled(1, 1, 1), of(t, small()[:4]...), filled(64, 64, 0)} {
+	for _, h := range []api.Ghost{filled(1, 1, 0), filled(1, 1, 1), of(t, sample.Short()[:4]...), filled(64, 64, 0)} {
 		for _, d := range sample.NoDirs() {
 			blind, e := ghost.Blind(h, d)
 			refused(t, "Blind along none", !blind, e, api.ErrDir)

@@ -112,9 +112,9 @@ func TestMakeEdges(t *testing.T) {
 // P13.1: more than eight, whatever else is wrong with them.
 func TestMakeTooMany(t *testing.T) {
 	one, none := api.Dir{P: 1}, api.Dir{P: 2, Q: 2}
-	nine := small()[:9]
+	nine := sample.Short()[:9]
 	for _, dirs := range [][]api.Dir{
-		nine, small(), sample.Wheel(), sample.Wheel()[:9], make([]api.Dir, 9), make([]api.Dir, 70000), append(small()[:8:8], none), append([]api.Dir{none}, small()[:8]...), append(small()[:8:8], one), {one, one, one, one, one, one, one, one, one}, sample.Dirs(), sample.NoDirs(),
+		nine, sample.Short(), sample.Wheel(), sample.Wheel()[:9], make([]api.Dir, 9), make([]api.Dir, 70000), append(sample.Short()[:8:8], none), append([]api.Dir{none}, sample.Short()[:8]...), append(sample.Short()[:8:8], one), {one, one, one, one, one, one, one, one, one}, sample.Dirs(), sample.NoDirs(),
 		slices.Concat(wide(64), high(64), []api.Dir{one}),
 	} {
 		h, e := ghost.Make(dirs)
@@ -130,7 +130,7 @@ func TestMakeTooMany(t *testing.T) {
 func TestMakeRefused(t *testing.T) {
 	great := append(wide(64), high(64)...)
 	for many := 1; many <= 8; many++ {
-		for _, dirs := range [][]api.Dir{small()[:many], great[:many], sample.Dirs()[8 : 8+many]} {
+		for _, dirs := range [][]api.Dir{sample.Short()[:many], great[:many], sample.Dirs()[8 : 8+many]} {
 			for at := range many {
 				for k, d := range sample.NoDirs() {
 					if k%7 == (at+many)%7 {
@@ -224,7 +224,7 @@ func TestNoGhosts(t *testing.T) {
 
 // P13.1: Fits at each n, of no direction, of one, of more than eight, of all.
 func TestFits(t *testing.T) {
-	more := append(lists(), small(), sample.Dirs(), sample.Wheel(), sample.Wheel()[:20], sample.Wheel()[:64], sample.Wheel()[100:])
+	more := append(lists(), sample.Short(), sample.Dirs(), sample.Wheel(), sample.Wheel()[:20], sample.Wheel()[:64], sample.Wheel()[100:])
 	for _, dirs := range more {
 		across, down := stepped(dirs)
 		for n := 1; n <= 64; n++ {
@@ -238,7 +238,7 @@ func TestFits(t *testing.T) {
 // P13.1: no side of a grid, told ahead of every other fault.
 func TestFitsNoSides(t *testing.T) {
 	for _, n := range sample.NoSides() {
-		for _, dirs := range [][]api.Dir{nil, {}, {{P: 1}}, {{}}, {{P: 1}, {P: 1}}, {{P: -1 << 63, Q: 1}}, small(), sample.NoDirs(), sample.Wheel()} {
+		for _, dirs := range [][]api.Dir{nil, {}, {{P: 1}}, {{}}, {{P: 1}, {P: 1}}, {{P: -1 << 63, Q: 1}}, sample.Short(), sample.NoDirs(), sample.Wheel()} {
 			fits, e := ghost.Fits(n, dirs)
 			refused(t, "Fits of no side", !fits, e, api.ErrArg)
 		}

@@ -29,7 +29,7 @@ func checkHaunt(t *testing.T, g api.Grid, h api.Ghost, x, y int, v complex128) a
 
 // P13.1: every place of small grids and ghosts, and those about it: below 0, at the edge, one beyond it.
 func TestHauntEverywhere(t *testing.T) {
-	all := []api.Ghost{of(t), of(t, api.Dir{P: 1}), of(t, api.Dir{Q: 1}), of(t, api.Dir{P: -1, Q: 1}), of(t, api.Dir{P: 2, Q: 1}, api.Dir{Q: 1}), of(t, small()[:4]...)}
+	all := []api.Ghost{of(t), of(t, api.Dir{P: 1}), of(t, api.Dir{Q: 1}), of(t, api.Dir{P: -1, Q: 1}), of(t, api.Dir{P: 2, Q: 1}, api.Dir{Q: 1}), of(t, sample.Short()[:4]...)}
 	for _, s := range [][2]int{{1, 1}, {3, 1}, {1, 3}, {2, 3}, {3, 3}, {4, 4}} {
 		all = append(all, ghosts(s[0], s[1])...)
 	}

@@ -65,7 +65,7 @@ func TestHauntIsNotSeen(t *testing.T) {
 
 // P13.2: v and then its negative leave the grid as it was, bit by bit.
 func TestHauntTakenBack(t *testing.T) {
-	for _, dirs := range [][]api.Dir{nil, small()[:1], small()[:4], small()[3:6], small()[:8], wide(63)} {
+	for _, dirs := range [][]api.Dir{nil, sample.Short()[:1], sample.Short()[:4], sample.Short()[3:6], sample.Short()[:8], wide(63)} {
 		h := of(t, dirs...)
 		g := sample.Grids(64)[4]
 		out, e := ghost.Haunt(g, h, 0, 0, 7-2i)
@@ -77,7 +77,7 @@ func TestHauntTakenBack(t *testing.T) {
 
 // P13.3: Fits is true just where Katz says false, and refuses what Katz refuses, at every n.
 func TestFitsAndKatz(t *testing.T) {
-	all := append(lists(), small(), sample.Dirs(), sample.Wheel(), sample.NoDirs(), append(small(), small()...), append(small(), api.Dir{}, api.Dir{P: 1}))
+	all := append(lists(), sample.Short(), sample.Dirs(), sample.Wheel(), sample.NoDirs(), append(sample.Short(), sample.Short()...), append(sample.Short(), api.Dir{}, api.Dir{P: 1}))
 	for _, dirs := range all {
 		for n := -1; n <= 66; n++ {
 			enough, wrong := dir.Katz(n, dirs)
@@ -111,34 +111,19 @@ func TestTwoGridsAlike(t *testing.T) {
 	}
 }
 
-// orders: all of them, of a list.
-func orders(dirs []api.Dir) [][]api.Dir {
-	if len(dirs) == 0 {
-		return [][]api.Dir{{}}
-	}
-	var out [][]api.Dir
-	for at, d := range dirs {
-		rest := slices.Delete(slices.Clone(dirs), at, at+1)
-		for _, order := range orders(rest) {
-			out = append(out, append([]api.Dir{d}, order...))
-		}
-	}
-	return out
-}
-
 // P13.4: the order of the directions changes nothing: all orders of small lists, some of greater ones.
 func TestOrders(t *testing.T) {
 	d := sample.Dice(134)
 	for many := 1; many <= 8; many++ {
-		for _, from := range [][]api.Dir{small(), sample.Dirs(), small()[2:]} {
-			dirs := picked(&d, from, many)
+		for _, from := range [][]api.Dir{sample.Short(), sample.Dirs(), sample.Short()[2:]} {
+			dirs := d.Picked(from, many)
 			want, wrong := ghost.Make(dirs)
 			all := [][]api.Dir{}
 			if many <= 5 {
-				all = orders(dirs)
+				all = sample.Orders(dirs)
 			} else {
 				for range 40 {
-					all = append(all, picked(&d, dirs, many))
+					all = append(all, d.Picked(dirs, many))
 				}
 			}
 			for _, order := range all {

@@ -11,7 +11,7 @@ import (
 
 // P13.4: lists of directions are not changed, the room behind them neither, whatever is answered.
 func TestDirsNotChanged(t *testing.T) {
-	all := append(lists(), sample.Wheel(), small(), sample.NoDirs(), []api.Dir{{P: 1}, {P: 1}}, []api.Dir{{P: -2, Q: 1}, {}, {P: 1}})
+	all := append(lists(), sample.Wheel(), sample.Short(), sample.NoDirs(), []api.Dir{{P: 1}, {P: 1}}, []api.Dir{{P: -2, Q: 1}, {}, {P: 1}})
 	for _, dirs := range all {
 		long := append(slices.Clone(dirs), api.Dir{P: -16, Q: 1}, api.Dir{P: 7, Q: -7}, api.Dir{P: 1})
 		before := slices.Clone(long)
@@ -27,7 +27,7 @@ func TestDirsNotChanged(t *testing.T) {
 
 // P13.4: grids and ghosts are not changed, the room behind their cells neither.
 func TestNotChanged(t *testing.T) {
-	all := append(noGhosts(), of(t), of(t, small()[:4]...), of(t, wide(63)...))
+	all := append(noGhosts(), of(t), of(t, sample.Short()[:4]...), of(t, wide(63)...))
 	for _, s := range sizes() {
 		all = append(all, ghosts(s[0], s[1])...)
 	}
@@ -48,7 +48,7 @@ func TestNotChanged(t *testing.T) {
 		grids = append(grids, sample.Grids(n)...)
 	}
 	for _, g := range grids {
-		for _, h := range []api.Ghost{of(t), of(t, small()[:4]...), {}} {
+		for _, h := range []api.Ghost{of(t), of(t, sample.Short()[:4]...), {}} {
 			changed := sample.Changed(g.Cells, func(cells []complex128) {
 				same := api.Grid{N: g.N, Cells: cells}
 				ghost.Haunt(same, h, 0, 0, 1)
@@ -97,7 +97,7 @@ func TestAnswersAreNew(t *testing.T) {
 
 // P1, rule 5: calls at the same time do not show in each other's answers.
 func TestAtTheSameTime(t *testing.T) {
-	dirs, g := small()[:8], sample.Grids(64)[4]
+	dirs, g := sample.Short()[:8], sample.Grids(64)[4]
 	h := of(t, dirs...)
 	told := func(yes bool) []complex128 {
 		if yes {

@@ -11,23 +11,6 @@ import (
 	"penumbra/sample"
 )
 
-// small: directions of few steps, to the right, to the left, straight across and straight down.
-func small() []api.Dir {
-	return []api.Dir{{P: 1}, {Q: 1}, {P: 1, Q: 1}, {P: -1, Q: 1}, {P: 2, Q: 1}, {P: -2, Q: 1}, {P: 1, Q: 2}, {P: -1, Q: 2}, {P: 3, Q: 1}, {P: -3, Q: 2}, {P: 2, Q: 3}, {P: -1, Q: 3}}
-}
-
-// picked: so many of them, each once, as the dice fall.
-func picked(d *sample.Dice, all []api.Dir, many int) []api.Dir {
-	rest := slices.Clone(all)
-	var out []api.Dir
-	for range many {
-		at := int(d.Word() % uint64(len(rest)))
-		out = append(out, rest[at])
-		rest = slices.Delete(rest, at, at+1)
-	}
-	return out
-}
-
 // wide: four directions whose |P| come to just sum, 49 to 64, with few steps down; high: with P and Q exchanged.
 func wide(sum int) []api.Dir {
 	return []api.Dir{{P: 16, Q: 1}, {P: -16, Q: 3}, {P: 48 - sum, Q: 1}, {P: 16, Q: 3}}
@@ -39,14 +22,14 @@ func high(sum int) []api.Dir {
 
 // lists: of none (both ways of saying it), of each direction alone, of two to eight small ones and of any; many of these have ghosts, and some are too great.
 func lists() [][]api.Dir {
-	out := [][]api.Dir{nil, {}, small()[:8], sample.Dirs()[:8], sample.Dirs()[8:16], wide(63), high(63), wide(64), high(64)}
+	out := [][]api.Dir{nil, {}, sample.Short()[:8], sample.Dirs()[:8], sample.Dirs()[8:16], wide(63), high(63), wide(64), high(64)}
 	for _, d := range sample.Wheel() {
 		out = append(out, []api.Dir{d})
 	}
 	d := sample.Dice(13)
 	for many := 2; many <= api.MaxGhost; many++ {
 		for range 12 {
-			out = append(out, picked(&d, small(), many), picked(&d, sample.Dirs(), many), picked(&d, sample.Wheel(), many))
+			out = append(out, d.Picked(sample.Short(), many), d.Picked(sample.Dirs(), many), d.Picked(sample.Wheel(), many))
 		}
 	}
 	return out

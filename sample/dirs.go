@@ -2,6 +2,7 @@ package sample
 
 import (
 	"math"
+	"slices"
 
 	"penumbra/api"
 )
@@ -25,6 +26,11 @@ func Dirs() []api.Dir {
 		{P: 1}, {Q: 1}, {P: 1, Q: 1}, {P: -1, Q: 1}, {P: 1, Q: 2}, {P: -1, Q: 2}, {P: 2, Q: 1}, {P: -2, Q: 1}, {P: 3, Q: 2}, {P: -3, Q: 5},
 		{P: 16, Q: 1}, {P: -16, Q: 1}, {P: 1, Q: 16}, {P: -1, Q: 16}, {P: 16, Q: 15}, {P: -16, Q: 15}, {P: 15, Q: 16}, {P: -15, Q: 16}, {P: 9, Q: 16}, {P: -7, Q: 12},
 	}
+}
+
+// Short: directions of few steps, to the right, to the left, straight across and straight down.
+func Short() []api.Dir {
+	return []api.Dir{{P: 1}, {Q: 1}, {P: 1, Q: 1}, {P: -1, Q: 1}, {P: 2, Q: 1}, {P: -2, Q: 1}, {P: 1, Q: 2}, {P: -1, Q: 2}, {P: 3, Q: 1}, {P: -3, Q: 2}, {P: 2, Q: 3}, {P: -1, Q: 3}}
 }
 
 // NoDirs: what is no direction in its one form.
@@ -70,6 +76,33 @@ func divisor(p, q int) int {
 func DirLists() [][]api.Dir {
 	all := Wheel()
 	return [][]api.Dir{nil, {}, {{P: 1}}, {{P: -16, Q: 15}}, all[:2], all[3:18], all[50:67], all[:63], all[:64], all[256:], Dirs()}
+}
+
+// Picked: so many of them, each once, as the dice fall.
+func (d *Dice) Picked(all []api.Dir, many int) []api.Dir {
+	rest := slices.Clone(all)
+	var out []api.Dir
+	for range many {
+		at := int(d.Word() % uint64(len(rest)))
+		out = append(out, rest[at])
+		rest = slices.Delete(rest, at, at+1)
+	}
+	return out
+}
+
+// Orders: all of them, of a list.
+func Orders(dirs []api.Dir) [][]api.Dir {
+	if len(dirs) == 0 {
+		return [][]api.Dir{{}}
+	}
+	var out [][]api.Dir
+	for at, d := range dirs {
+		rest := slices.Delete(slices.Clone(dirs), at, at+1)
+		for _, order := range Orders(rest) {
+			out = append(out, append([]api.Dir{d}, order...))
+		}
+	}
+	return out
 }
 
 // A DirFlaw is a list of directions along which nothing is projected, with the error that is to be told of it.

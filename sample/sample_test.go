@@ -174,3 +174,34 @@ func TestDirsAreRight(t *testing.T) {
 		}
 	}
 }
+
+// What is picked is some of the list, each once, and the list stays; the orders of a list are all of them, each once.
+func TestPickedAndOrders(t *testing.T) {
+	d := sample.Dice(1)
+	all := sample.Short()
+	for many := 0; many <= len(all); many++ {
+		some := d.Picked(all, many)
+		if _, e := dir.Katz(1, some); e != api.OK || len(some) != many || slices.ContainsFunc(some, func(d api.Dir) bool { return !slices.Contains(all, d) }) {
+			t.Errorf("%d picked: %v", many, some)
+		}
+	}
+	if !slices.Equal(all, sample.Short()) {
+		t.Error("the list is changed")
+	}
+	for many, count := range []int{1, 1, 2, 6, 24, 120} {
+		seen := map[[5]api.Dir]bool{}
+		for _, order := range sample.Orders(all[:many]) {
+			var key [5]api.Dir
+			copy(key[:], order)
+			seen[key] = true
+			slices.SortFunc(order, dir.Cmp)
+			want := slices.SortedFunc(slices.Values(all[:many]), dir.Cmp)
+			if !slices.Equal(order, want) {
+				t.Fatalf("%v is no order of %v", key, want)
+			}
+		}
+		if len(seen) != count {
+			t.Errorf("%d orders of %d", len(seen), many)
+		}
+	}
+}
