@@ -22,13 +22,13 @@ func TestExamples(t *testing.T) {
 		{1, nil, []complex128{0}},
 		{2, nil, make([]complex128, 4)},
 		{64, []api.Proj{}, make([]complex128, 64*64)},
-		{1, []api.Proj{proj(1, 0, 5-2i), proj(16, 15, 1), proj(0, 1, 2i)}, []complex128{6}},
-		{2, []api.Proj{proj(1, 1, 1, 2, 3)}, []complex128{2, 3, 1, 2}},
-		{2, []api.Proj{proj(-1, 1, 1, 2, 3)}, []complex128{1, 2, 2, 3}},
-		{2, []api.Proj{proj(1, 1, 1, 2, 3), proj(1, 1, 10i, 20i, 30i)}, []complex128{2 + 20i, 3 + 30i, 1 + 10i, 2 + 20i}},
-		{2, []api.Proj{proj(-2, 1, 1, 2, 3, 4)}, []complex128{1, 2, 3, 4}},
-		{2, []api.Proj{proj(2, 1, 3, 4, 1, 2)}, []complex128{1, 2, 3, 4}},
-		{3, []api.Proj{proj(1, 2, 1, 2, 3, 4, 5, 6, 7), proj(1, 0, 100, 200, 300)}, []complex128{303, 305, 307, 202, 204, 206, 101, 103, 105}},
+		{1, []api.Proj{sample.Proj(1, 0, 5-2i), sample.Proj(16, 15, 1), sample.Proj(0, 1, 2i)}, []complex128{6}},
+		{2, []api.Proj{sample.Proj(1, 1, 1, 2, 3)}, []complex128{2, 3, 1, 2}},
+		{2, []api.Proj{sample.Proj(-1, 1, 1, 2, 3)}, []complex128{1, 2, 2, 3}},
+		{2, []api.Proj{sample.Proj(1, 1, 1, 2, 3), sample.Proj(1, 1, 10i, 20i, 30i)}, []complex128{2 + 20i, 3 + 30i, 1 + 10i, 2 + 20i}},
+		{2, []api.Proj{sample.Proj(-2, 1, 1, 2, 3, 4)}, []complex128{1, 2, 3, 4}},
+		{2, []api.Proj{sample.Proj(2, 1, 3, 4, 1, 2)}, []complex128{1, 2, 3, 4}},
+		{3, []api.Proj{sample.Proj(1, 2, 1, 2, 3, 4, 5, 6, 7), sample.Proj(1, 0, 100, 200, 300)}, []complex128{303, 305, 307, 202, 204, 206, 101, 103, 105}},
 	} {
 		checkCells(t, about(c.n, c.projs), all(t, c.n, c.projs).Cells, c.want)
 	}
@@ -79,11 +79,11 @@ func TestOrder(t *testing.T) {
 // P17.1: fields of every side, from lists of every length, with bins of all kinds of numbers, bit by bit.
 func TestAllByItsRules(t *testing.T) {
 	d := sample.Dice(171)
-	for _, n := range sides() {
-		for _, dirs := range along() {
-			for _, part := range parts(&d) {
+	for _, n := range sample.ManySides() {
+		for _, dirs := range sample.Along() {
+			for _, part := range d.Parts() {
 				given := projs(n, dirs, part)
-				checkField(t, about(n, given), all(t, n, given), laid(n, given))
+				checkField(t, about(n, given), all(t, n, given), sample.Laid(n, given))
 			}
 		}
 	}
@@ -95,7 +95,7 @@ func TestEveryDirection(t *testing.T) {
 	for _, along := range sample.Wheel() {
 		for _, n := range []int{1, 2, 3, 7, 64} {
 			given := projs(n, []api.Dir{along}, d.AnyBits)
-			checkField(t, about(n, given), all(t, n, given), laid(n, given))
+			checkField(t, about(n, given), all(t, n, given), sample.Laid(n, given))
 		}
 	}
 }
@@ -147,24 +147,15 @@ func TestAgainstRays(t *testing.T) {
 // P17.1: a side that is none is told ahead of too many projections, these ahead of faults in one of them, all of them ahead of the call's own.
 func TestFaultsInTheirOrder(t *testing.T) {
 	wheel := sample.Wheel()
-	none, empty := proj(2, 2, 1, 2, 3), api.Proj{Dir: wheel[5]}
+	none, empty := sample.Proj(2, 2, 1, 2, 3), api.Proj{Dir: wheel[5]}
 	for _, n := range sample.NoSides() {
 		for _, given := range [][]api.Proj{nil, {}, example(), {none}, {empty}, make([]api.Proj, 65), sample.Blanks(2, wheel[:65]).Projs} {
 			noneAnswers(t, n, given, api.ErrArg)
 		}
 	}
 	for _, n := range sample.Sides() {
-		full, blank := sample.Blanks(n, wheel[:64]).Projs, sample.Blank(n, wheel[3])
-		long, short := sample.Blank(n, wheel[3]), sample.Blank(n, wheel[3])
-		long.Bins, short.Bins = append(long.Bins, 0), short.Bins[:len(short.Bins)-1]
-		for _, given := range [][]api.Proj{append(full, blank), append(full, none), append([]api.Proj{none}, full...), append([]api.Proj{empty}, full...), make([]api.Proj, 65), make([]api.Proj, 70000)} {
-			noneAnswers(t, n, given, api.ErrLong)
-		}
-		for _, given := range [][]api.Proj{{none}, {{}}, {none, empty}, {none, long}, {none, short}, {blank, none, short}, {blank, blank, none}, append([]api.Proj{none}, full[:63]...), append(full[:63:63], none), make([]api.Proj, 64), {none, none}} {
-			noneAnswers(t, n, given, api.ErrDir)
-		}
-		for _, given := range [][]api.Proj{{empty}, {long}, {short}, {empty, none}, {long, none}, {short, none}, {blank, long, none}, {blank, blank, short}, append([]api.Proj{long}, full[:63]...), append(full[:63:63], short), {long, short}} {
-			noneAnswers(t, n, given, api.ErrBins)
+		for _, flaw := range sample.LaidFlaws(n) {
+			noneAnswers(t, n, flaw.Sino.Projs, flaw.Want)
 		}
 	}
 }
@@ -173,34 +164,17 @@ func TestFaultsInTheirOrder(t *testing.T) {
 func TestFaultsOfSinos(t *testing.T) {
 	count := map[api.Errno]int{}
 	for _, f := range sample.SinoFlaws() {
-		want := fault(f.Sino.N, f.Sino.Projs)
+		want := sample.LaidFault(f.Sino.N, f.Sino.Projs)
 		count[want]++
 		if want != api.OK {
 			noneAnswers(t, f.Sino.N, f.Sino.Projs, want)
 			continue
 		}
-		checkField(t, about(f.Sino.N, f.Sino.Projs), all(t, f.Sino.N, f.Sino.Projs), laid(f.Sino.N, f.Sino.Projs))
+		checkField(t, about(f.Sino.N, f.Sino.Projs), all(t, f.Sino.N, f.Sino.Projs), sample.Laid(f.Sino.N, f.Sino.Projs))
 	}
 	for _, e := range []api.Errno{api.OK, api.ErrArg, api.ErrLong, api.ErrDir, api.ErrBins} {
 		if count[e] < 20 {
 			t.Errorf("only %d of them are told error %d", count[e], e)
-		}
-	}
-}
-
-// P17.1: what is no direction is none of side 1 either, where every direction has one bin; nor are so many bins those of another side.
-func TestNoDirectionsAndNoBins(t *testing.T) {
-	for _, d := range sample.NoDirs() {
-		noneAnswers(t, 1, []api.Proj{{Dir: d, Bins: []complex128{1}}}, api.ErrDir)
-		noneAnswers(t, 2, []api.Proj{sample.Blank(2, api.Dir{P: 1}), {Dir: d, Bins: make([]complex128, 3)}}, api.ErrDir)
-	}
-	for _, d := range sample.Dirs() {
-		for _, n := range []int{1, 2, 5, 63} {
-			noneAnswers(t, n+1, []api.Proj{sample.Blank(n, d)}, api.ErrBins)
-			noneAnswers(t, n, []api.Proj{sample.Blank(n+1, d)}, api.ErrBins)
-			// Room for the missing bins is no bin.
-			many := sample.BinCount(n, d)
-			noneAnswers(t, n, []api.Proj{{Dir: d, Bins: make([]complex128, many-1, many+5)}}, api.ErrBins)
 		}
 	}
 }

@@ -23,12 +23,12 @@ func TestFilteredExamples(t *testing.T) {
 		projs   []api.Proj
 		want    []complex128
 	}{
-		{1, api.Ramp, []api.Proj{proj(1, 0, 4)}, []complex128{1}},
-		{1, api.Flat, []api.Proj{proj(1, 0, 4), proj(0, 1, 3i)}, []complex128{4 + 3i}},
-		{1, api.Soft, []api.Proj{proj(1, 0, 4)}, []complex128{0}},
-		{2, api.Ramp, []api.Proj{proj(0, 1, 8, -8i)}, []complex128{2 + 1i, -1 - 2i, 2 + 1i, -1 - 2i}},
-		{2, api.Ramp, []api.Proj{proj(0, 1, 8, -8i), proj(1, 0, 8, 8)}, []complex128{3 + 1i, -2i, 3 + 1i, -2i}},
-		{2, api.Soft, []api.Proj{proj(1, 0, 8, -8i)}, []complex128{complex(0, -0.5), complex(0, -0.5), 0.5, 0.5}},
+		{1, api.Ramp, []api.Proj{sample.Proj(1, 0, 4)}, []complex128{1}},
+		{1, api.Flat, []api.Proj{sample.Proj(1, 0, 4), sample.Proj(0, 1, 3i)}, []complex128{4 + 3i}},
+		{1, api.Soft, []api.Proj{sample.Proj(1, 0, 4)}, []complex128{0}},
+		{2, api.Ramp, []api.Proj{sample.Proj(0, 1, 8, -8i)}, []complex128{2 + 1i, -1 - 2i, 2 + 1i, -1 - 2i}},
+		{2, api.Ramp, []api.Proj{sample.Proj(0, 1, 8, -8i), sample.Proj(1, 0, 8, 8)}, []complex128{3 + 1i, -2i, 3 + 1i, -2i}},
+		{2, api.Soft, []api.Proj{sample.Proj(1, 0, 8, -8i)}, []complex128{complex(0, -0.5), complex(0, -0.5), 0.5, 0.5}},
 		{2, api.Flat, example(), []complex128{7, 9, 11, 13}},
 		{2, api.Soft, nil, make([]complex128, 4)},
 	} {
@@ -44,8 +44,8 @@ func TestFilteredExamples(t *testing.T) {
 func TestFilteredByItsRules(t *testing.T) {
 	d := sample.Dice(174)
 	for _, n := range []int{1, 2, 3, 4, 5, 8, 13, 16, 33, 64} {
-		for i, dirs := range along() {
-			for j, part := range parts(&d) {
+		for i, dirs := range sample.Along() {
+			for j, part := range d.Parts() {
 				if n > 8 && (i+j)%5 != 0 { // transforms of thousands of bins take their time
 					continue
 				}
@@ -54,7 +54,7 @@ func TestFilteredByItsRules(t *testing.T) {
 					sharp := sharpened(given, kind)
 					got := filtered(t, n, given, kind)
 					checkField(t, about(n, given), got, all(t, n, sharp))
-					checkField(t, about(n, given), got, laid(n, sharp))
+					checkField(t, about(n, given), got, sample.Laid(n, sharp))
 				}
 			}
 		}
@@ -67,7 +67,7 @@ func TestFilteredOfTheMost(t *testing.T) {
 	for _, dirs := range [][]api.Dir{{{P: 16, Q: 15}}, {{P: -16, Q: 15}, {P: 15, Q: 16}}, {{P: -15, Q: 16}}, sample.Wheel()[:64]} {
 		given := projs(64, dirs, d.Near)
 		for _, kind := range kinds() {
-			checkField(t, about(64, given), filtered(t, 64, given, kind), laid(64, sharpened(given, kind)))
+			checkField(t, about(64, given), filtered(t, 64, given, kind), sample.Laid(64, sharpened(given, kind)))
 		}
 	}
 }

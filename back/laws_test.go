@@ -35,8 +35,8 @@ func added(a, b api.Grid) api.Grid {
 // P17.3: what is laid back from a list and another one behind it is the sum of both, bit by bit, wherever a list is parted.
 func TestJoined(t *testing.T) {
 	d := sample.Dice(181)
-	for _, n := range sides() {
-		for k, dirs := range along() {
+	for _, n := range sample.ManySides() {
+		for k, dirs := range sample.Along() {
 			if n > 16 && (n+k)%4 != 0 {
 				continue
 			}
@@ -86,8 +86,8 @@ func TestAnyOrder(t *testing.T) {
 			}
 		}
 	}
-	for _, n := range sides() {
-		for k, dirs := range along() {
+	for _, n := range sample.ManySides() {
+		for k, dirs := range sample.Along() {
 			given := wholes(n, &d, dirs)[(n+k)%7]
 			want := all(t, n, given)
 			for range 3 {
@@ -115,8 +115,8 @@ func turned(list []complex128, k int) []complex128 {
 // P17.3: with all bins turned the field is turned; a nought has no sign in a field, so that both are held against each other without.
 func TestTurned(t *testing.T) {
 	d := sample.Dice(184)
-	for _, n := range sides() {
-		for i, dirs := range along() {
+	for _, n := range sample.ManySides() {
+		for i, dirs := range sample.Along() {
 			for j, given := range wholes(n, &d, dirs) {
 				if n > 16 && (i+j)%3 != 0 {
 					continue

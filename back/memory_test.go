@@ -11,10 +11,10 @@ import (
 // few: some of each kind, with faults and without, small enough to be gone through many times.
 func few() []api.Sino {
 	d := sample.Dice(185)
-	out := []api.Sino{{N: 2, Projs: example()}, {N: 1, Projs: []api.Proj{proj(1, 0, 5)}}, {N: 2, Projs: make([]api.Proj, 65)}}
+	out := []api.Sino{{N: 2, Projs: example()}, {N: 1, Projs: []api.Proj{sample.Proj(1, 0, 5)}}, {N: 2, Projs: make([]api.Proj, 65)}}
 	for _, n := range []int{1, 2, 5} {
-		for i, dirs := range along() {
-			out = append(out, api.Sino{N: n, Projs: projs(n, dirs, parts(&d)[i%12])}, api.Sino{N: n + 1, Projs: projs(n, dirs, d.Near)})
+		for i, dirs := range sample.Along() {
+			out = append(out, api.Sino{N: n, Projs: projs(n, dirs, d.Parts()[i%12])}, api.Sino{N: n + 1, Projs: projs(n, dirs, d.Near)})
 		}
 	}
 	for i, f := range sample.SinoFlaws() {

@@ -3,7 +3,6 @@ package back_test
 import (
 	"fmt"
 	"math"
-	"slices"
 	"testing"
 
 	"penumbra/api"
@@ -11,15 +10,6 @@ import (
 	"penumbra/cx"
 	"penumbra/sample"
 )
-
-// sides: every one up to 16, and some greater ones.
-func sides() []int {
-	out := []int{17, 31, 32, 33, 50, 63, 64}
-	for n := 1; n <= 16; n++ {
-		out = append(out, n)
-	}
-	return out
-}
 
 // teams: numbers of workers.
 func teams() []int { return []int{1, 2, 3, 7, 16} }
@@ -33,37 +23,9 @@ func kinds() []int { return []int{api.Flat, api.Ramp, api.Soft} }
 // noKinds: the neighbours of those, and the ends of int.
 func noKinds() []int { return append(sample.Ends(), -3, -2, -1, 0, 4, 5) }
 
-// along: lists of directions: none (both ways of saying it), one, two that are one, some with one that comes again later, 64, 64 that are one, and 64 of which each is there twice.
-func along() [][]api.Dir {
-	wheel := sample.Wheel()
-	one, other := api.Dir{P: 3, Q: 2}, api.Dir{P: -2, Q: 1}
-	out := [][]api.Dir{nil, {}, {one, one}, {other, one, other, {P: 1}, other}, wheel[:64], slices.Repeat([]api.Dir{other}, 64), slices.Repeat(wheel[40:72], 2)}
-	for _, d := range []api.Dir{{P: 1}, {Q: 1}, one, other, {P: 16, Q: 15}, {P: -16, Q: 15}} {
-		out = append(out, []api.Dir{d})
-	}
-	return append(out, sample.Dirs())
-}
-
-// parts: what bins are made of: whole, all sizes, the greatest and the least, noughts with and without a sign, infinities, NaNs, any bits.
-func parts(d *sample.Dice) []func() float64 {
-	great := func() float64 { return math.Copysign(math.MaxFloat64, d.Near()) }
-	mixed := func() float64 {
-		if d.Word()%40 == 0 {
-			return d.Edge()
-		}
-		return d.Near()
-	}
-	return []func() float64{d.UpTo(9), d.UpTo(api.MaxBin), d.Near, d.Between(-5, 60), d.Between(-1074, 1024), great, d.Tiny, d.Sign, sample.MinusNought, d.Edge, d.AnyBits, mixed}
-}
-
 // projs: a projection along each direction, each with bins of its own.
 func projs(n int, dirs []api.Dir, part func() float64) []api.Proj {
 	return sample.Projs(n, dirs, part).Projs
-}
-
-// proj: along (p, q).
-func proj(p, q int, bins ...complex128) api.Proj {
-	return api.Proj{Dir: api.Dir{P: p, Q: q}, Bins: bins}
 }
 
 // cell: a place.
@@ -73,7 +35,7 @@ func cell(x, y int) api.Cell { return api.Cell{X: x, Y: y} }
 func last(n int) api.Cell { return cell(n-1, n-1) }
 
 // example: the chapter's, of side 2.
-func example() []api.Proj { return []api.Proj{proj(1, 0, 7, 3), proj(0, 1, 4, 6)} }
+func example() []api.Proj { return []api.Proj{sample.Proj(1, 0, 7, 3), sample.Proj(0, 1, 4, 6)} }
 
 func about(n int, projs []api.Proj) string {
 	name := fmt.Sprintf("side %d, %d projections along", n, len(projs))

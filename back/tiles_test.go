@@ -20,11 +20,11 @@ func checkTiles(t *testing.T, n int, projs []api.Proj, side, workers int, want a
 // P17.2: tiles of every side, to beyond the field's, by few workers and many, tell each bit of All.
 func TestTiles(t *testing.T) {
 	d := sample.Dice(176)
-	for _, n := range sides() {
-		dirs, part := along()[n%len(along())], parts(&d)[n%len(parts(&d))]
+	for _, n := range sample.ManySides() {
+		dirs, part := sample.Along()[n%len(sample.Along())], d.Parts()[n%len(d.Parts())]
 		for _, given := range [][]api.Proj{projs(n, dirs, part), projs(n, sample.Dirs()[:7], d.Near), projs(n, sample.Dirs()[5:12], d.Between(-1074, 1024))} {
 			want := all(t, n, given)
-			checkField(t, about(n, given), want, laid(n, given))
+			checkField(t, about(n, given), want, sample.Laid(n, given))
 			for side := 1; side <= min(n+2, api.MaxSide); side++ {
 				for _, workers := range teams() {
 					checkTiles(t, n, given, side, workers, want)
@@ -39,10 +39,10 @@ func TestTiles(t *testing.T) {
 func TestTilesOfEveryKind(t *testing.T) {
 	d := sample.Dice(177)
 	for _, n := range []int{1, 2, 3, 5, 8, 64} {
-		for i, dirs := range along() {
-			for j, part := range parts(&d) {
+		for i, dirs := range sample.Along() {
+			for j, part := range d.Parts() {
 				given := projs(n, dirs, part)
-				checkTiles(t, n, given, 1+(3*i+7*j)%n, 1+(i+5*j)%16, laid(n, given))
+				checkTiles(t, n, given, 1+(3*i+7*j)%n, 1+(i+5*j)%16, sample.Laid(n, given))
 			}
 		}
 	}
@@ -53,7 +53,7 @@ func TestEveryTeam(t *testing.T) {
 	d := sample.Dice(178)
 	for _, n := range []int{1, 4, 13} {
 		given := projs(n, sample.Dirs(), d.Near)
-		want := laid(n, given)
+		want := sample.Laid(n, given)
 		for workers := 1; workers <= api.MaxWorkers; workers++ {
 			for side := 1; side <= api.MaxSide; side++ {
 				checkTiles(t, n, given, side, workers, want)
@@ -84,7 +84,7 @@ func TestNoTiles(t *testing.T) {
 func TestWorkersEnd(t *testing.T) {
 	before := runtime.NumGoroutine()
 	for range 200 {
-		checkTiles(t, 2, example(), 1, api.MaxWorkers, laid(2, example()))
+		checkTiles(t, 2, example(), 1, api.MaxWorkers, sample.Laid(2, example()))
 		noTiles(t, 2, example(), 0, api.MaxWorkers, api.ErrArg)
 	}
 	for tries := 0; runtime.NumGoroutine() > before; tries++ {
@@ -124,9 +124,9 @@ func TestRegions(t *testing.T) {
 	d := sample.Dice(179)
 	for n := 1; n <= 5; n++ {
 		for k, dirs := range [][]api.Dir{nil, sample.Dirs()[:8], {{P: -3, Q: 2}, {P: 1}, {P: -3, Q: 2}}} {
-			given := projs(n, dirs, parts(&d)[(4*n+5*k)%12])
+			given := projs(n, dirs, d.Parts()[(4*n+5*k)%12])
 			field, there := all(t, n, given), 0
-			checkField(t, about(n, given), field, laid(n, given))
+			checkField(t, about(n, given), field, sample.Laid(n, given))
 			for _, from := range places(n) {
 				for _, to := range places(n) {
 					if checkRegion(t, given, field, from, to) {
@@ -148,14 +148,14 @@ func TestRegionsOfEveryKind(t *testing.T) {
 		a, b := int(d.Word()%uint64(n)), int(d.Word()%uint64(n))
 		return min(a, b), max(a, b)
 	}
-	for _, n := range sides() {
-		for i, dirs := range along() {
-			for j, part := range parts(&d) {
+	for _, n := range sample.ManySides() {
+		for i, dirs := range sample.Along() {
+			for j, part := range d.Parts() {
 				if n > 16 && (i+j)%4 != 0 {
 					continue
 				}
 				given := projs(n, dirs, part)
-				field := laid(n, given)
+				field := sample.Laid(n, given)
 				left, right := somewhere(n)
 				up, down := somewhere(n)
 				checkRegion(t, given, field, cell(left, up), cell(right, down))

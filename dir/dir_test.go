@@ -60,7 +60,7 @@ func TestCheck(t *testing.T) {
 	for p := -18; p <= 18; p++ {
 		for q := -18; q <= 18; q++ {
 			want := api.ErrDir
-			if isForm(api.Dir{P: p, Q: q}) {
+			if sample.IsDir(api.Dir{P: p, Q: q}) {
 				want = api.OK
 			}
 			if e := dir.Check(api.Dir{P: p, Q: q}); e != want {

@@ -7,23 +7,8 @@ import (
 	"slices"
 
 	"penumbra/api"
+	"penumbra/sample"
 )
-
-// isForm: the one form, by trying all divisors.
-func isForm(d api.Dir) bool {
-	if d.P < -16 || d.P > 16 || d.Q < 0 || d.Q > 16 {
-		return false
-	}
-	if d.Q == 0 {
-		return d.P == 1
-	}
-	for t := 2; t <= 16; t++ {
-		if d.P%t == 0 && d.Q%t == 0 {
-			return false
-		}
-	}
-	return true
-}
 
 // angle: of a direction, from 0 on, below half a turn. Those of any two forms are 1/512 apart or more, so that floats tell them.
 func angle(d api.Dir) float64 { return math.Atan2(float64(d.Q), float64(d.P)) }
@@ -33,7 +18,7 @@ func forms(k int) []api.Dir {
 	var out []api.Dir
 	for p := -k; p <= k; p++ {
 		for q := 0; q <= k; q++ {
-			if d := (api.Dir{P: p, Q: q}); isForm(d) {
+			if d := (api.Dir{P: p, Q: q}); sample.IsDir(d) {
 				out = append(out, d)
 			}
 		}

@@ -11,7 +11,7 @@ import (
 
 // few: sound ones of some sides, and others, small enough to be gone through many times.
 func few() []api.Sino {
-	out := []api.Sino{{}, one(1), one(5, api.MaxPart+1), one(api.MaxPart + 1), two(proj(1, 0, 7, 3), proj(1, 1, 3, 5, 2)), two(proj(1, 0, 8, 3), proj(1, 1, 3, 5, 2)), two(proj(1, 0, 7, 3), proj(0, 1, 4, 6)), two(proj(1, 2, 3, 1, 4, 2)), two(make([]api.Proj, 65)...)}
+	out := []api.Sino{{}, one(1), one(5, api.MaxPart+1), one(api.MaxPart + 1), two(sample.Proj(1, 0, 7, 3), sample.Proj(1, 1, 3, 5, 2)), two(sample.Proj(1, 0, 8, 3), sample.Proj(1, 1, 3, 5, 2)), two(sample.Proj(1, 0, 7, 3), sample.Proj(0, 1, 4, 6)), two(sample.Proj(1, 2, 3, 1, 4, 2)), two(make([]api.Proj, 65)...)}
 	for _, n := range []int{1, 2, 5} {
 		out = append(out, sample.Sinos(n)...)
 	}
@@ -75,7 +75,7 @@ func TestGridsAreNew(t *testing.T) {
 		}
 	}
 	// One projection of a line for each cell, row by row: its bins are the cells.
-	s := two(proj(-2, 1, 1, 2, 3, 4))
+	s := two(sample.Proj(-2, 1, 1, 2, 3, 4))
 	g, e := peel.Solve(s)
 	sample.WipeSino(s)
 	checkGrid(t, "written over later", right(t, g, e), api.Grid{N: 2, Cells: []complex128{1, 2, 3, 4}})

@@ -13,14 +13,14 @@ import (
 
 // P14.1: the chapter's examples.
 func TestExamples(t *testing.T) {
-	rows, columns, slanted := proj(1, 0, 7, 3), proj(0, 1, 4, 6), proj(1, 1, 3, 5, 2)
+	rows, columns, slanted := sample.Proj(1, 0, 7, 3), sample.Proj(0, 1, 4, 6), sample.Proj(1, 1, 3, 5, 2)
 	g, e := peel.Solve(two(rows, slanted))
 	checkGrid(t, "Solve", right(t, g, e), api.Grid{N: 2, Cells: []complex128{1, 2, 3, 4}})
 	for _, c := range []struct {
 		s    api.Sino
 		want api.Errno
 	}{
-		{two(rows, columns), api.ErrFew}, {two(proj(1, 0, 8, 3), slanted), api.ErrClash}, {two(), api.ErrFew},
+		{two(rows, columns), api.ErrFew}, {two(sample.Proj(1, 0, 8, 3), slanted), api.ErrClash}, {two(), api.ErrFew},
 	} {
 		g, e := peel.Solve(c.s)
 		refused(t, about(c.s), noGrid(g), e, c.want)
@@ -39,13 +39,13 @@ func TestSolveWrittenOut(t *testing.T) {
 		want []complex128
 	}{
 		{one(0), []complex128{0}}, {one(5 - 7i), []complex128{5 - 7i}}, {one(complex(-most, most)), []complex128{complex(-most, most)}}, {one(2i, 2i, 2i), []complex128{2i}},
-		{two(proj(1, 0, 7-1i, 3i), proj(1, 1, 3, 2+2i, 2)), []complex128{-2 + 3i, 2, 3, 4 - 1i}},
+		{two(sample.Proj(1, 0, 7-1i, 3i), sample.Proj(1, 1, 3, 2+2i, 2)), []complex128{-2 + 3i, 2, 3, 4 - 1i}},
 		// The slanted one alone tells the whole: each cell has a line of its own.
-		{two(proj(1, 2, 3, 1i, -4, 2)), []complex128{1i, 2, 3, -4}}, {two(proj(-1, 2, 1, 3, 2, 4)), []complex128{1, 2, 3, 4}}, {two(proj(2, 1, 3, 4, 1, 2)), []complex128{1, 2, 3, 4}}, {two(proj(-2, 1, 1, 2, 3, 4)), []complex128{1, 2, 3, 4}},
+		{two(sample.Proj(1, 2, 3, 1i, -4, 2)), []complex128{1i, 2, 3, -4}}, {two(sample.Proj(-1, 2, 1, 3, 2, 4)), []complex128{1, 2, 3, 4}}, {two(sample.Proj(2, 1, 3, 4, 1, 2)), []complex128{1, 2, 3, 4}}, {two(sample.Proj(-2, 1, 1, 2, 3, 4)), []complex128{1, 2, 3, 4}},
 		// Bins 1 and 4 are of lines on which no cell lies.
-		{two(proj(2, 3, 3, 0, 1, 4, 0, 2)), []complex128{1, 2, 3, 4}}, {two(proj(-2, 3, 1, 0, 3, 2, 0, 4)), []complex128{1, 2, 3, 4}},
-		{two(proj(0, 1, 0, 0), proj(-1, 1, 0, 0, 0)), []complex128{0, 0, 0, 0}},
-		{two(proj(0, 1, 2*most, -2*most), proj(1, 1, most, 0, -most)), []complex128{most, -most, most, -most}},
+		{two(sample.Proj(2, 3, 3, 0, 1, 4, 0, 2)), []complex128{1, 2, 3, 4}}, {two(sample.Proj(-2, 3, 1, 0, 3, 2, 0, 4)), []complex128{1, 2, 3, 4}},
+		{two(sample.Proj(0, 1, 0, 0), sample.Proj(-1, 1, 0, 0, 0)), []complex128{0, 0, 0, 0}},
+		{two(sample.Proj(0, 1, 2*most, -2*most), sample.Proj(1, 1, most, 0, -most)), []complex128{most, -most, most, -most}},
 	} {
 		g, e := peel.Solve(c.s)
 		checkGrid(t, about(c.s), right(t, g, e), api.Grid{N: c.s.N, Cells: c.want})
@@ -147,8 +147,8 @@ func TestOrderOfSteps(t *testing.T) {
 // P14.1: orders that are written out. Along (1, 2) each cell of side 2 has its own line; the rows, which stand ahead, take the second cell of each as soon as it is alone.
 func TestOrderWrittenOut(t *testing.T) {
 	const big = api.MaxPart + 1
-	rows := func(low, high complex128) api.Proj { return proj(1, 0, low, high) }
-	apart := func(a, b, c, d complex128) api.Proj { return proj(1, 2, a, b, c, d) }
+	rows := func(low, high complex128) api.Proj { return sample.Proj(1, 0, low, high) }
+	apart := func(a, b, c, d complex128) api.Proj { return sample.Proj(1, 2, a, b, c, d) }
 	for _, c := range []struct {
 		s    api.Sino
 		want api.Errno
@@ -160,8 +160,8 @@ func TestOrderWrittenOut(t *testing.T) {
 		{two(apart(3, 1, 4, 2), rows(big+3, 3)), api.ErrClash}, {two(apart(3, 1, 4, 2), rows(7, -api.MaxBin)), api.ErrClash}, {two(apart(3, 1, big, 2), rows(7, 3)), api.ErrBig}, {two(apart(3, 1, 4, big*1i), rows(7, 3)), api.ErrBig},
 		{one(big, 5), api.ErrBig}, {one(5, big), api.ErrClash}, {one(5, big, big), api.ErrClash}, {one(big, big), api.ErrBig}, {one(big, 5, 5), api.ErrBig}, {one(1i, 5, 1i), api.ErrClash},
 		// Too great at the last step, with a rest that stays elsewhere; and a bin so great that is never taken.
-		{two(rows(7, big+1), proj(1, 1, 3, 5, 2)), api.ErrBig}, {two(rows(7, big), proj(1, 1, 3, 5, 2)), api.ErrClash}, {two(rows(7, 3), proj(1, 1, 3, 5, big)), api.ErrClash}, {two(rows(7, 3), proj(1, 1, big, 5, 2)), api.ErrBig}, {two(rows(7, 3), proj(1, 1, 3, big+4, 2)), api.ErrBig}, {two(rows(7, 3), proj(1, 1, 3, big+3, 2)), api.ErrClash},
-		{two(proj(1, 1, 3, 5, big), rows(7, 3)), api.ErrBig}, {two(proj(1, 1, 3, 5, 2), rows(7, big+3)), api.ErrClash},
+		{two(rows(7, big+1), sample.Proj(1, 1, 3, 5, 2)), api.ErrBig}, {two(rows(7, big), sample.Proj(1, 1, 3, 5, 2)), api.ErrClash}, {two(rows(7, 3), sample.Proj(1, 1, 3, 5, big)), api.ErrClash}, {two(rows(7, 3), sample.Proj(1, 1, big, 5, 2)), api.ErrBig}, {two(rows(7, 3), sample.Proj(1, 1, 3, big+4, 2)), api.ErrBig}, {two(rows(7, 3), sample.Proj(1, 1, 3, big+3, 2)), api.ErrClash},
+		{two(sample.Proj(1, 1, 3, 5, big), rows(7, 3)), api.ErrBig}, {two(sample.Proj(1, 1, 3, 5, 2), rows(7, big+3)), api.ErrClash},
 	} {
 		solves(t, fmt.Sprint(c.s), c.s, c.want)
 	}
@@ -186,12 +186,12 @@ func TestGreatestParts(t *testing.T) {
 			if few == api.OK {
 				few = api.ErrFew
 			}
-			solves(t, "a corner", two(proj(1, 1, c.v, 1, 2)), few)
-			solves(t, "another one", two(proj(1, 1, 1, 2, c.v)), few)
-			solves(t, "a corner, and a rest elsewhere", two(proj(1, 1, 1, 2, c.v), proj(0, 1, 0, 5)), map[bool]api.Errno{true: api.ErrClash, false: api.ErrBig}[c.want == api.OK])
-			solves(t, "no lone cell", two(proj(1, 0, c.v, c.v), proj(0, 1, c.v, c.v)), api.ErrFew)
-			solves(t, "two on a line", two(proj(1, 1, 1, c.v, 2)), api.ErrFew)
-			solves(t, "behind another cell", two(proj(-1, 1, 3, c.v-4, 5), proj(1, 0, 1, c.v+3)), c.want)
+			solves(t, "a corner", two(sample.Proj(1, 1, c.v, 1, 2)), few)
+			solves(t, "another one", two(sample.Proj(1, 1, 1, 2, c.v)), few)
+			solves(t, "a corner, and a rest elsewhere", two(sample.Proj(1, 1, 1, 2, c.v), sample.Proj(0, 1, 0, 5)), map[bool]api.Errno{true: api.ErrClash, false: api.ErrBig}[c.want == api.OK])
+			solves(t, "no lone cell", two(sample.Proj(1, 0, c.v, c.v), sample.Proj(0, 1, c.v, c.v)), api.ErrFew)
+			solves(t, "two on a line", two(sample.Proj(1, 1, 1, c.v, 2)), api.ErrFew)
+			solves(t, "behind another cell", two(sample.Proj(-1, 1, 3, c.v-4, 5), sample.Proj(1, 0, 1, c.v+3)), c.want)
 		}
 	}
 }
@@ -217,8 +217,8 @@ func TestBigAtEachStep(t *testing.T) {
 // P14.1: ErrFew where a cell stays open, whether the rests are 0 or not.
 func TestFew(t *testing.T) {
 	for _, s := range []api.Sino{
-		two(proj(1, 0, 7, 3), proj(0, 1, 4, 6)), two(proj(1, 0, 7, 3), proj(0, 1, 4, 5)), two(proj(1, 0, 0, 0), proj(0, 1, 0, 0)), two(proj(1, 0, 0, 0)), two(proj(1, 1, 3, 5, 2)), two(proj(1, 1, 3, 0, 2)), two(proj(1, 1, 0, 0, 0)), two(proj(-1, 1, 3, 5i, 2)),
-		two(proj(1, 0, api.MaxBin, -api.MaxBin), proj(0, 1, 1, 2)),
+		two(sample.Proj(1, 0, 7, 3), sample.Proj(0, 1, 4, 6)), two(sample.Proj(1, 0, 7, 3), sample.Proj(0, 1, 4, 5)), two(sample.Proj(1, 0, 0, 0), sample.Proj(0, 1, 0, 0)), two(sample.Proj(1, 0, 0, 0)), two(sample.Proj(1, 1, 3, 5, 2)), two(sample.Proj(1, 1, 3, 0, 2)), two(sample.Proj(1, 1, 0, 0, 0)), two(sample.Proj(-1, 1, 3, 5i, 2)),
+		two(sample.Proj(1, 0, api.MaxBin, -api.MaxBin), sample.Proj(0, 1, 1, 2)),
 		sample.Blanks(3, []api.Dir{{P: 1}, {P: 1, Q: 1}}), sample.Seen(sample.Numbered(64), sample.Dirs()[:8]),
 	} {
 		solves(t, about(s), s, api.ErrFew)
@@ -269,7 +269,7 @@ func TestClash(t *testing.T) {
 func TestClashWithoutCells(t *testing.T) {
 	for bin, want := range []api.Errno{api.OK, api.ErrClash, api.OK, api.OK, api.ErrClash, api.OK} {
 		for _, v := range []complex128{9, 1i, -1, api.MaxPart + 1, complex(0, -api.MaxBin)} {
-			s := sample.WithBin(two(proj(2, 3, 3, 0, 1, 4, 0, 2)), 0, bin, v)
+			s := sample.WithBin(two(sample.Proj(2, 3, 3, 0, 1, 4, 0, 2)), 0, bin, v)
 			if want == api.OK && real(v) <= api.MaxPart && imag(v) >= -api.MaxPart {
 				solves(t, "a cell's bin", s, api.OK)
 			} else if want == api.OK {
@@ -292,7 +292,7 @@ func TestNotSound(t *testing.T) {
 // P14.1: Check's errors come ahead of what peeling would tell of the others.
 func TestNotSoundAhead(t *testing.T) {
 	for want, s := range map[api.Errno]api.Sino{
-		api.OK: two(proj(1, 2, 3, 1, 4, 2)), api.ErrBig: two(proj(1, 2, api.MaxPart+1, 1, 4, 2)), api.ErrFew: two(proj(1, 0, 7, 3)), api.ErrClash: two(proj(1, 2, 3, 1, 4, 2), proj(1, 0, 8, 3)),
+		api.OK: two(sample.Proj(1, 2, 3, 1, 4, 2)), api.ErrBig: two(sample.Proj(1, 2, api.MaxPart+1, 1, 4, 2)), api.ErrFew: two(sample.Proj(1, 0, 7, 3)), api.ErrClash: two(sample.Proj(1, 2, 3, 1, 4, 2), sample.Proj(1, 0, 8, 3)),
 	} {
 		solves(t, about(s), s, want)
 		with := func(more ...api.Proj) api.Sino { return two(append(slices.Clip(s.Projs), more...)...) }
@@ -307,10 +307,10 @@ func TestNotSoundAhead(t *testing.T) {
 		}{
 			{api.Sino{N: 0, Projs: s.Projs}, api.ErrArg}, {api.Sino{N: 65, Projs: s.Projs}, api.ErrArg}, {api.Sino{N: -2, Projs: s.Projs}, api.ErrArg}, {api.Sino{N: math.MinInt, Projs: s.Projs}, api.ErrArg}, {api.Sino{N: 1, Projs: s.Projs}, api.ErrBins}, {api.Sino{N: 3, Projs: s.Projs}, api.ErrBins},
 			{with(many...), api.ErrLong}, {with(make([]api.Proj, 64)...), api.ErrLong}, {api.Sino{N: 65, Projs: make([]api.Proj, 65)}, api.ErrArg},
-			{with(proj(2, 2, 1, 2, 3)), api.ErrDir}, {ahead(proj(0, 0, 1)), api.ErrDir}, {with(proj(0, -1)), api.ErrDir}, {with(proj(math.MinInt, 1)), api.ErrDir},
+			{with(sample.Proj(2, 2, 1, 2, 3)), api.ErrDir}, {ahead(sample.Proj(0, 0, 1)), api.ErrDir}, {with(sample.Proj(0, -1)), api.ErrDir}, {with(sample.Proj(math.MinInt, 1)), api.ErrDir},
 			{with(s.Projs[0]), api.ErrTwice}, {with(api.Proj{Dir: s.Projs[0].Dir}), api.ErrTwice},
-			{with(proj(0, 1, 4)), api.ErrBins}, {with(proj(0, 1, 4, 6, 0)), api.ErrBins}, {ahead(proj(0, 1)), api.ErrBins}, {ahead(proj(0, 1, 4, complex(6, sample.MinusNought()))), api.ErrBins},
-			{with(proj(0, 1, 4, complex(math.NaN(), 0))), api.ErrBins}, {with(proj(0, 1, 4, complex(0, math.Inf(-1)))), api.ErrBins}, {with(proj(0, 1, 4, 0.5)), api.ErrBins}, {with(proj(0, 1, api.MaxBin+1, 6)), api.ErrBins}, {with(proj(0, 1, 0, complex(0, -api.MaxBin-1))), api.ErrBins},
+			{with(sample.Proj(0, 1, 4)), api.ErrBins}, {with(sample.Proj(0, 1, 4, 6, 0)), api.ErrBins}, {ahead(sample.Proj(0, 1)), api.ErrBins}, {ahead(sample.Proj(0, 1, 4, complex(6, sample.MinusNought()))), api.ErrBins},
+			{with(sample.Proj(0, 1, 4, complex(math.NaN(), 0))), api.ErrBins}, {with(sample.Proj(0, 1, 4, complex(0, math.Inf(-1)))), api.ErrBins}, {with(sample.Proj(0, 1, 4, 0.5)), api.ErrBins}, {with(sample.Proj(0, 1, api.MaxBin+1, 6)), api.ErrBins}, {with(sample.Proj(0, 1, 0, complex(0, -api.MaxBin-1))), api.ErrBins},
 			{sample.WithBin(s, 0, 0, complex(math.Inf(1), 0)), api.ErrBins}, {sample.WithBin(s, 0, 1, complex(sample.MinusNought(), 0)), api.ErrBins},
 		} {
 			g, e := peel.Solve(f.s)

@@ -91,11 +91,6 @@ func one(bins ...complex128) api.Sino {
 	return out
 }
 
-// proj: along (p, q).
-func proj(p, q int, bins ...complex128) api.Proj {
-	return api.Proj{Dir: api.Dir{P: p, Q: q}, Bins: bins}
-}
-
 // two: projections of side 2.
 func two(projs ...api.Proj) api.Sino { return api.Sino{N: 2, Projs: projs} }
 

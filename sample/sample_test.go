@@ -163,6 +163,18 @@ func TestDirsAreRight(t *testing.T) {
 	if !slices.Equal(wheel, all) {
 		t.Error("the wheel is not all directions")
 	}
+	for p := -33; p <= 33; p++ {
+		for q := -33; q <= 33; q++ {
+			if d := (api.Dir{P: p, Q: q}); sample.IsDir(d) != (dir.Check(d) == api.OK) {
+				t.Errorf("%v is taken for what it is not", d)
+			}
+		}
+	}
+	for _, d := range sample.NoDirs() {
+		if sample.IsDir(d) {
+			t.Errorf("%v is no direction", d)
+		}
+	}
 	for _, f := range sample.DirFlaws() {
 		if _, e := dir.Katz(1, f.Dirs); len(f.Dirs) <= api.MaxDirs && e != f.Want || len(f.Dirs) > api.MaxDirs && f.Want != api.ErrLong {
 			t.Errorf("%v: error %d, not %d", f.Dirs, e, f.Want)
@@ -202,6 +214,22 @@ func TestPickedAndOrders(t *testing.T) {
 		}
 		if len(seen) != count {
 			t.Errorf("%d orders of %d", len(seen), many)
+		}
+	}
+}
+
+// Lists that can't be laid back have the fault that is told of them, and the others have none.
+func TestLaidFaults(t *testing.T) {
+	for _, n := range sample.Sides() {
+		for _, f := range sample.LaidFlaws(n) {
+			if e := sample.LaidFault(n, f.Sino.Projs); f.Sino.N != n || e != f.Want {
+				t.Errorf("side %d, %d projections: error %d, not %d", n, len(f.Sino.Projs), e, f.Want)
+			}
+		}
+		for _, dirs := range sample.Along() {
+			if e := sample.LaidFault(n, sample.Blanks(n, dirs).Projs); e != api.OK {
+				t.Errorf("side %d, along %v: error %d", n, dirs, e)
+			}
 		}
 	}
 }

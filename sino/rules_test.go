@@ -10,19 +10,6 @@ import (
 
 // The chapter's rules as they stand, in numbers of any length.
 
-// isDir: layer 6's one form.
-func isDir(d api.Dir) bool {
-	if d.Q < 0 || d.Q > 16 || d.P < -16 || d.P > 16 {
-		return false
-	}
-	for by := 2; by <= 16; by++ {
-		if d.P%by == 0 && d.Q%by == 0 {
-			return false
-		}
-	}
-	return d.Q > 0 || d.P == 1
-}
-
 func isBinPart(x float64) bool {
 	return x == math.Trunc(x) && math.Abs(x) <= 4294967296 && (x != 0 || !math.Signbit(x))
 }
@@ -30,7 +17,7 @@ func isBinPart(x float64) bool {
 // projError: the first fault of the projection at that place.
 func projError(s api.Sino, place int) api.Errno {
 	p := s.Projs[place]
-	if !isDir(p.Dir) {
+	if !sample.IsDir(p.Dir) {
 		return api.ErrDir
 	}
 	for _, ahead := range s.Projs[:place] {
