@@ -17,12 +17,7 @@ func few() []api.Sino {
 			out = append(out, api.Sino{N: n, Projs: projs(n, dirs, d.Parts()[i%12])}, api.Sino{N: n + 1, Projs: projs(n, dirs, d.Near)})
 		}
 	}
-	for i, f := range sample.SinoFlaws() {
-		if i%23 == 0 && len(f.Sino.Projs) < 70 {
-			out = append(out, f.Sino)
-		}
-	}
-	return out
+	return append(out, sample.FewFlaws()...)
 }
 
 // P17.4: projections that are handed in are not changed: neither the list nor a direction, nor bins, nor the room behind any of these, whatever is answered.

@@ -30,10 +30,7 @@ func some() []job {
 }
 
 // roomy: the list with room behind it that holds something, and the whole of that memory.
-func roomy(list []int) (same, all []int) {
-	all = append(slices.Clone(list), 77, -5, 1<<40, 0, 3)
-	return all[:len(list)], all
-}
+func roomy(list []int) (same, all []int) { return sample.Roomy(list, 77, -5, 1<<40, 0, 3) }
 
 // kept: does the call leave both lists as they are, with the room behind them?
 func kept(lo, hi []int, call func(lo, hi []int)) bool {

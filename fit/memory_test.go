@@ -25,10 +25,8 @@ func few() []job {
 			out = append(out, job{field(n, part), sample.Projs(n, dirs, part).Projs}, job{field(n+1, part), sample.Projs(n, dirs, part).Projs}, job{sample.Numbered(n), sample.Seen(sample.Numbered(n), dirs).Projs})
 		}
 	}
-	for i, flaw := range sample.SinoFlaws() {
-		if i%23 == 0 && len(flaw.Sino.Projs) < 70 {
-			out = append(out, job{sample.Numbered(min(max(flaw.Sino.N, 1), 13)), flaw.Sino.Projs})
-		}
+	for _, s := range sample.FewFlaws() {
+		out = append(out, job{sample.Numbered(min(max(s.N, 1), 13)), s.Projs})
 	}
 	return out
 }

@@ -12,15 +12,7 @@ import (
 // few: sound ones of some sides, and others, small enough to be gone through many times.
 func few() []api.Sino {
 	out := []api.Sino{{}, one(1), one(5, api.MaxPart+1), one(api.MaxPart + 1), two(sample.Proj(1, 0, 7, 3), sample.Proj(1, 1, 3, 5, 2)), two(sample.Proj(1, 0, 8, 3), sample.Proj(1, 1, 3, 5, 2)), two(sample.Proj(1, 0, 7, 3), sample.Proj(0, 1, 4, 6)), two(sample.Proj(1, 2, 3, 1, 4, 2)), two(make([]api.Proj, 65)...)}
-	for _, n := range []int{1, 2, 5} {
-		out = append(out, sample.Sinos(n)...)
-	}
-	for i, f := range sample.SinoFlaws() {
-		if i%23 == 0 && len(f.Sino.Projs) < 70 {
-			out = append(out, f.Sino)
-		}
-	}
-	return out
+	return slices.Concat(out, sample.FewSinos(), sample.FewFlaws())
 }
 
 // P14.5: projections that are handed in are not changed, nor the room behind any of their lists, whatever is answered.

@@ -5,11 +5,15 @@ import (
 	"slices"
 )
 
-// spare: the list with room behind it that holds something, and the whole of that memory.
+// Roomy: the list with room behind it that holds something, and the whole of that memory.
+func Roomy[T any](list []T, behind ...T) (same, all []T) {
+	all = append(slices.Clone(list), behind...)
+	return all[:len(list)], all
+}
+
+// spare: likewise of numbers.
 func spare(x []complex128) (list, all []complex128) {
-	all = append(all, x...)
-	all = append(all, 1+2i, complex(MinusNought(), math.NaN()), 3, 4, 5)
-	return all[:len(x)], all
+	return Roomy(x, 1+2i, complex(MinusNought(), math.NaN()), 3, 4, 5)
 }
 
 // Changed: does the call change the list that it is handed, or the spare room behind it?

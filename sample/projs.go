@@ -132,6 +132,20 @@ func SinoFlaws() []SinoFlaw {
 	return out
 }
 
+// FewSinos: sound ones of some sides, few and small enough to be gone through many times.
+func FewSinos() []api.Sino { return slices.Concat(Sinos(1), Sinos(2), Sinos(5)) }
+
+// FewFlaws: likewise those that aren't sound: some of each fault.
+func FewFlaws() []api.Sino {
+	out := []api.Sino{Blanks(2, Wheel()[:65])}
+	for i, f := range SinoFlaws() {
+		if i%23 == 0 && len(f.Sino.Projs) < 70 {
+			out = append(out, f.Sino)
+		}
+	}
+	return out
+}
+
 // dirFlaws: what is no direction, wherever it stands; ahead of all faults of projections behind it, and of its own bins.
 func dirFlaws(n int) []SinoFlaw {
 	wheel := Wheel()

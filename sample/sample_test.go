@@ -127,6 +127,15 @@ func TestSinosAreRight(t *testing.T) {
 			t.Fatalf("side %d, along %v: error %d, not %d", f.Sino.N, sino.Dirs(f.Sino), e, f.Want)
 		}
 	}
+	count := map[api.Errno]int{}
+	for _, s := range append(sample.FewSinos(), sample.FewFlaws()...) {
+		count[sino.Check(s)]++
+	}
+	for _, e := range []api.Errno{api.OK, api.ErrArg, api.ErrLong, api.ErrDir, api.ErrTwice, api.ErrBins} {
+		if count[e] == 0 {
+			t.Errorf("none of the few has error %d", e)
+		}
+	}
 }
 
 // Phantoms agree field by field, and a copy is not what is written over.

@@ -9,20 +9,9 @@ import (
 	"penumbra/sino"
 )
 
-// few: sound ones of some sides, small enough to be gone through many times.
-func few() []api.Sino {
-	return append(append(sample.Sinos(1), sample.Sinos(2)...), sample.Sinos(5)...)
-}
-
 // P11.4: projections that are handed in are not changed, nor the room behind any of their lists, whatever is answered.
 func TestProjectionsAreNotChanged(t *testing.T) {
-	all := few()
-	for i, f := range sample.SinoFlaws() {
-		if i%23 == 0 && len(f.Sino.Projs) < 70 {
-			all = append(all, f.Sino)
-		}
-	}
-	for _, s := range all {
+	for _, s := range append(sample.FewSinos(), sample.FewFlaws()...) {
 		dirs := sino.Dirs(s)
 		changed := sample.ChangedSino(s, func(same api.Sino) {
 			sino.Check(same)
@@ -50,7 +39,7 @@ func TestProjectionsAreNotChanged(t *testing.T) {
 
 // P11.4: nor are lists of directions.
 func TestDirsAreNotChanged(t *testing.T) {
-	for _, s := range append(few(), api.Sino{}) {
+	for _, s := range append(sample.FewSinos(), api.Sino{}) {
 		for _, dirs := range [][]api.Dir{nil, sino.Dirs(s), sample.Wheel(), sample.NoDirs(), {{P: 1}, {P: 1}}} {
 			room := append(slices.Clone(dirs), api.Dir{P: -16, Q: 1}, api.Dir{P: 7, Q: -7}, api.Dir{P: 1})
 			before := slices.Clone(room)
@@ -64,7 +53,7 @@ func TestDirsAreNotChanged(t *testing.T) {
 
 // P11.4: an answer shares no memory with what was handed in, with another answer, nor one list of it with another.
 func TestAnswersAreNew(t *testing.T) {
-	for _, s := range few() {
+	for _, s := range sample.FewSinos() {
 		dirs := sino.Dirs(s)
 		turned := slices.Clone(dirs)
 		slices.Reverse(turned)
@@ -115,7 +104,7 @@ func TestJoinedIsNew(t *testing.T) {
 
 // P11.4: Dirs answers a list of its own.
 func TestDirsAreNew(t *testing.T) {
-	for _, s := range few() {
+	for _, s := range sample.FewSinos() {
 		first, second := sino.Dirs(s), sino.Dirs(s)
 		want := slices.Clone(first)
 		room := first[:cap(first)]
