@@ -1,6 +1,11 @@
 package sample
 
-import "math"
+import (
+	"math"
+	"slices"
+
+	"penumbra/api"
+)
 
 // Agree: the same bits in each part, where a NaN came out any NaN.
 func Agree(a, b complex128) bool {
@@ -19,4 +24,9 @@ func Bits(x []complex128) []uint64 {
 		out = append(out, math.Float64bits(real(a)), math.Float64bits(imag(a)))
 	}
 	return out
+}
+
+// SameField: the same side and the same bits everywhere, those of NaNs too.
+func SameField(f, g api.Grid) bool {
+	return f.N == g.N && slices.Equal(Bits(f.Cells), Bits(g.Cells))
 }

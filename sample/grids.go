@@ -66,8 +66,8 @@ func NoValues() []complex128 {
 	return out
 }
 
-// wrongSides: sides that are none, and cells that are too many or too few.
-func wrongSides() []api.Grid {
+// NoFields: sides that are none, and cells that are too many or too few.
+func NoFields() []api.Grid {
 	grid := func(n, cells int) api.Grid { return api.Grid{N: n, Cells: make([]complex128, cells)} }
 	out := []api.Grid{
 		{}, {N: 1}, {N: 2}, {N: 64}, {N: 65}, {N: -1},
@@ -87,8 +87,8 @@ func wrongSides() []api.Grid {
 
 // NoGrids: those that aren't sound, with cells that aren't 0 among them.
 func NoGrids() []api.Grid {
-	out := wrongSides()
-	for _, g := range wrongSides() {
+	out := NoFields()
+	for _, g := range NoFields() {
 		cells := make([]complex128, len(g.Cells))
 		for j := range cells {
 			cells[j] = 3 - 1i

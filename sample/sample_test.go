@@ -13,33 +13,47 @@ import (
 	"penumbra/sino"
 )
 
-// The looks at memory must find what they look for.
+// The looks at memory must find what they look for, in lists of numbers and of bytes.
 func TestFaultsAreFound(t *testing.T) {
-	x := []complex128{1, 2i, 3}
-	fresh := func(list []complex128) []complex128 { return append([]complex128(nil), list...) }
-	if sample.Changed(x, func(list []complex128) { fresh(list) }) || sample.Shared(x, fresh) != "" {
+	faultsAreFound(t, []complex128{1, 2i, 3})
+	faultsAreFound(t, []byte{1, 77, 255})
+	nans := func(bits ...uint64) []complex128 {
+		var out []complex128
+		for _, b := range bits {
+			out = append(out, complex(math.Float64frombits(b), 0))
+		}
+		return out
+	}
+	if !sample.Changed(nans(0x7ff8000000000001), func(list []complex128) { copy(list, nans(0x7ff8000000000002)) }) {
+		t.Error("another NaN is not found")
+	}
+}
+
+func faultsAreFound[T byte | complex128](t *testing.T, x []T) {
+	fresh := func(list []T) []T { return append([]T(nil), list...) }
+	if sample.Changed(x, func(list []T) { fresh(list) }) || sample.Shared(x, fresh) != "" {
 		t.Error("a fault is found where there is none")
 	}
-	if !sample.Changed(x, func(list []complex128) { list[0] = 5 }) || !sample.Changed(x, func(list []complex128) { _ = append(list, 7) }) {
+	if !sample.Changed(x, func(list []T) { list[0] = 5 }) || !sample.Changed(x, func(list []T) { _ = append(list, 7) }) {
 		t.Error("a change is not found")
 	}
 	kept, long := fresh(x), fresh(x)
-	for name, call := range map[string]func(list []complex128) []complex128{
-		"the argument itself":     func(list []complex128) []complex128 { return list },
-		"the room behind it":      func(list []complex128) []complex128 { return append(list, 1)[3:] },
-		"one list for all":        func([]complex128) []complex128 { return kept },
-		"room that holds another": func([]complex128) []complex128 { return long[:1] },
+	for name, call := range map[string]func(list []T) []T{
+		"the argument itself":     func(list []T) []T { return list },
+		"the room behind it":      func(list []T) []T { return append(list, 1)[3:] },
+		"one list for all":        func([]T) []T { return kept },
+		"room that holds another": func([]T) []T { return long[:1] },
 	} {
 		if sample.Shared(x, call) == "" {
 			t.Errorf("%s: not found", name)
 		}
 	}
-	turn := make(chan complex128, 1)
+	turn := make(chan T, 1)
 	turn <- 0
-	if sample.Alone(func() []complex128 {
+	if sample.Alone(func() []T {
 		k := <-turn
 		turn <- k + 1
-		return []complex128{k}
+		return []T{k}
 	}) {
 		t.Error("answers that differ are not found")
 	}
@@ -50,6 +64,10 @@ func TestAgree(t *testing.T) {
 	nan, other := math.NaN(), math.Float64frombits(0xfff0000000000001)
 	if !sample.Agree(complex(1, nan), complex(1, other)) || sample.Agree(complex(0, 1), complex(sample.MinusNought(), 1)) || sample.Agree(1+2i, 2+1i) || sample.Agree(complex(nan, 0), 0) {
 		t.Error("Agree")
+	}
+	f := api.Grid{N: 1, Cells: []complex128{complex(nan, 0)}}
+	if !sample.SameField(f, sample.With(f, 0, complex(nan, 0))) || sample.SameField(f, sample.With(f, 0, complex(other, 0))) || sample.SameField(f, api.Grid{N: 1}) || sample.SameField(f, api.Grid{N: 2, Cells: f.Cells}) {
+		t.Error("SameField")
 	}
 }
 
