@@ -15,7 +15,7 @@ import (
 func noChange(t *testing.T, f, g api.Grid) {
 	t.Helper()
 	if got, e := pack.Change(f, g); e != api.ErrArg || got.N != 0 || len(got.Cells) != 0 {
-		t.Fatalf("Change(%s, %s): %s, error %d", about(f), about(g), about(got), e)
+		t.Fatalf("Change(%s, %s): %s, error %d", sample.About(f), sample.About(g), sample.About(got), e)
 	}
 }
 
@@ -23,12 +23,12 @@ func noChange(t *testing.T, f, g api.Grid) {
 func TestNoFields(t *testing.T) {
 	for i, f := range sample.NoFields() {
 		if b, e := pack.Pack(f); e != api.ErrArg || len(b) != 0 {
-			t.Fatalf("Pack(%s): % x, error %d", about(f), start(b), e)
+			t.Fatalf("Pack(%s): % x, error %d", sample.About(f), sample.Start(b), e)
 		}
 		if w, e := pack.Way(f); e != api.ErrArg || w != 0 {
-			t.Fatalf("Way(%s): %d, error %d", about(f), w, e)
+			t.Fatalf("Way(%s): %d, error %d", sample.About(f), w, e)
 		}
-		for _, g := range []api.Grid{one(0), one(complex(math.NaN(), 0.1)), sample.Numbered(2), sample.Numbered(64), {N: f.N}, sample.NoFields()[(i*5+1)%len(sample.NoFields())]} {
+		for _, g := range []api.Grid{sample.One(0), sample.One(complex(math.NaN(), 0.1)), sample.Numbered(2), sample.Numbered(64), {N: f.N}, sample.NoFields()[(i*5+1)%len(sample.NoFields())]} {
 			noChange(t, f, g)
 			noChange(t, g, f)
 		}
@@ -42,7 +42,7 @@ func TestNoSidesNoCells(t *testing.T) {
 		for _, many := range []int{0, 1, 4, 64 * 64, 65 * 65} {
 			f := api.Grid{N: n, Cells: make([]complex128, many)}
 			if b, e := pack.Pack(f); e != api.ErrArg || len(b) != 0 {
-				t.Fatalf("Pack(%s): % x, error %d", about(f), start(b), e)
+				t.Fatalf("Pack(%s): % x, error %d", sample.About(f), sample.Start(b), e)
 			}
 			noChange(t, f, f)
 		}
@@ -51,7 +51,7 @@ func TestNoSidesNoCells(t *testing.T) {
 		for _, many := range []int{0, n*n - 1, n*n + 1, (n + 1) * (n + 1), 2 * n * n} {
 			f := api.Grid{N: n, Cells: make([]complex128, many, many+7)}
 			if w, e := pack.Way(f); e != api.ErrArg || w != 0 {
-				t.Fatalf("Way(%s): %d, error %d", about(f), w, e)
+				t.Fatalf("Way(%s): %d, error %d", sample.About(f), w, e)
 			}
 			noChange(t, f, sample.Filled(n, 0))
 			noChange(t, sample.Filled(n, 0), f)
@@ -75,7 +75,7 @@ func some() [][]byte {
 	d := sample.Dice(233)
 	var out [][]byte
 	for _, n := range []int{1, 2, 3} {
-		for _, f := range fields(n, &d) {
+		for _, f := range d.Fields(n) {
 			_, b := packed(f)
 			out = append(out, b)
 		}
@@ -93,7 +93,7 @@ func TestCutOff(t *testing.T) {
 		}
 	}
 	d := sample.Dice(234)
-	for _, f := range fields(64, &d) {
+	for _, f := range d.Fields(64) {
 		_, b := packed(f)
 		for _, k := range []int{1, 2, 3, len(b) / 2, len(b) - 8, len(b) - 1} {
 			refused(t, b[:k])
@@ -123,7 +123,7 @@ func TestHeads(t *testing.T) {
 				other[place] = byte(head)
 				// Bytes of one way may happen to be another's, but never another side's.
 				if checkBytes(t, other) && place == 1 && other[1] != b[1] {
-					t.Fatalf("% x is taken with the side %d", start(b), head)
+					t.Fatalf("% x is taken with the side %d", sample.Start(b), head)
 				}
 			}
 		}
@@ -148,7 +148,7 @@ func TestOtherWays(t *testing.T) {
 	d := sample.Dice(235)
 	count := [3][3]int{}
 	for _, n := range []int{1, 2, 3, 8, 33, 64} {
-		for _, f := range fields(n, &d) {
+		for _, f := range d.Fields(n) {
 			way, _ := packed(f)
 			for other := range 3 {
 				b, ok := written(f, other)
@@ -156,7 +156,7 @@ func TestOtherWays(t *testing.T) {
 					continue
 				}
 				if checkBytes(t, b) != (other == way) {
-					t.Fatalf("%s: in way %d, not %d", about(f), other, way)
+					t.Fatalf("%s: in way %d, not %d", sample.About(f), other, way)
 				}
 				count[way][other]++
 			}
@@ -317,7 +317,7 @@ func TestTurnedBytes(t *testing.T) {
 			count[checkBytes(t, other)]++
 		}
 	}
-	for _, f := range fields(64, &d) {
+	for _, f := range d.Fields(64) {
 		_, b := packed(f)
 		for range 10 {
 			other := slices.Clone(b)

@@ -14,16 +14,16 @@ import (
 func TestThereAndBack(t *testing.T) {
 	d := sample.Dice(241)
 	for n := 1; n <= 64; n++ {
-		for _, f := range fields(n, &d) {
+		for _, f := range d.Fields(n) {
 			b, e := pack.Pack(f)
 			if e != api.OK {
-				t.Fatalf("%s: error %d", about(f), e)
+				t.Fatalf("%s: error %d", sample.About(f), e)
 			}
 			if g, e := pack.Unpack(b); e != api.OK || !sample.SameField(f, g) {
-				t.Fatalf("%s: back %s, error %d", about(f), about(g), e)
+				t.Fatalf("%s: back %s, error %d", sample.About(f), sample.About(g), e)
 			}
 			if way, e := pack.Way(f); e != api.OK || way != int(b[0]) {
-				t.Fatalf("%s: way %d, error %d, though the first byte is %d", about(f), way, e, b[0])
+				t.Fatalf("%s: way %d, error %d, though the first byte is %d", sample.About(f), way, e, b[0])
 			}
 		}
 	}
@@ -32,10 +32,10 @@ func TestThereAndBack(t *testing.T) {
 // P21.2: likewise of every NaN that differs in one bit from another, in either part.
 func TestNaNsBitByBit(t *testing.T) {
 	for bit := range 64 {
-		for _, x := range nans() {
-			f := one(complex(x, x))
-			g, _ := pack.Change(f, one(complex(bitAlone(bit), 0)))
-			h, _ := pack.Change(f, one(complex(0, bitAlone(bit))))
+		for _, x := range sample.NaNs() {
+			f := sample.One(complex(x, x))
+			g, _ := pack.Change(f, sample.One(complex(bitAlone(bit), 0)))
+			h, _ := pack.Change(f, sample.One(complex(0, bitAlone(bit))))
 			checkField(t, g)
 			checkField(t, h)
 			if sample.SameField(f, g) || sample.SameField(f, h) || sample.SameField(g, h) {
@@ -52,11 +52,11 @@ func TestNoBeginnings(t *testing.T) {
 	var all [][]byte
 	for n := 1; n <= 64; n += 1 + n/9 {
 		for range 4 {
-			for _, f := range fields(n, &d) {
+			for _, f := range d.Fields(n) {
 				b, _ := pack.Pack(f)
 				if g, ok := seen[string(b)]; ok {
 					if !sample.SameField(f, g) {
-						t.Fatalf("%s and %s are packed alike", about(f), about(g))
+						t.Fatalf("%s and %s are packed alike", sample.About(f), sample.About(g))
 					}
 					continue
 				}
@@ -65,11 +65,11 @@ func TestNoBeginnings(t *testing.T) {
 			}
 		}
 	}
-	for _, x := range edges() {
-		for _, y := range edges() {
-			b, _ := pack.Pack(one(complex(x, y)))
+	for _, x := range sample.PackBounds() {
+		for _, y := range sample.PackBounds() {
+			b, _ := pack.Pack(sample.One(complex(x, y)))
 			if _, ok := seen[string(b)]; !ok {
-				seen[string(b)] = one(complex(x, y))
+				seen[string(b)] = sample.One(complex(x, y))
 				all = append(all, b)
 			}
 		}
@@ -78,7 +78,7 @@ func TestNoBeginnings(t *testing.T) {
 	slices.SortFunc(all, bytes.Compare)
 	for i := 1; i < len(all); i++ {
 		if bytes.HasPrefix(all[i], all[i-1]) {
-			t.Fatalf("% x is the beginning of % x", start(all[i-1]), start(all[i]))
+			t.Fatalf("% x is the beginning of % x", sample.Start(all[i-1]), sample.Start(all[i]))
 		}
 	}
 	if len(all) < 10000 {
@@ -90,21 +90,21 @@ func TestNoBeginnings(t *testing.T) {
 func TestChangeAndBack(t *testing.T) {
 	d := sample.Dice(243)
 	for n := 1; n <= 64; n++ {
-		list := fields(n, &d)
+		list := d.Fields(n)
 		for i, f := range list {
 			g := list[(i*11+n)%len(list)]
 			c, e := pack.Change(f, g)
 			if e != api.OK {
-				t.Fatalf("%s, %s: error %d", about(f), about(g), e)
+				t.Fatalf("%s, %s: error %d", sample.About(f), sample.About(g), e)
 			}
 			if back, e := pack.Change(c, g); e != api.OK || !sample.SameField(back, f) {
-				t.Fatalf("%s by %s and back: %s, error %d", about(f), about(g), about(back), e)
+				t.Fatalf("%s by %s and back: %s, error %d", sample.About(f), sample.About(g), sample.About(back), e)
 			}
 			if other, e := pack.Change(g, f); e != api.OK || !sample.SameField(other, c) {
-				t.Fatalf("%s, %s: the other way round %s, error %d", about(f), about(g), about(other), e)
+				t.Fatalf("%s, %s: the other way round %s, error %d", sample.About(f), sample.About(g), sample.About(other), e)
 			}
 			if none, e := pack.Change(f, f); e != api.OK || !sample.SameField(none, sample.Filled(n, 0)) {
-				t.Fatalf("%s by itself: %s, error %d", about(f), about(none), e)
+				t.Fatalf("%s by itself: %s, error %d", sample.About(f), sample.About(none), e)
 			}
 			checkField(t, c)
 		}

@@ -13,7 +13,7 @@ func few() []api.Grid {
 	d := sample.Dice(244)
 	out := []api.Grid{{N: 2, Cells: make([]complex128, 3)}, {N: 65, Cells: make([]complex128, 9)}, {N: -1}}
 	for _, n := range []int{1, 2, 5} {
-		out = append(out, fields(n, &d)...)
+		out = append(out, d.Fields(n)...)
 	}
 	return out
 }
@@ -38,14 +38,14 @@ func TestNothingIsChanged(t *testing.T) {
 			pack.Way(same)
 			pack.Change(same, same)
 		}) {
-			t.Fatalf("%s is changed", about(f))
+			t.Fatalf("%s is changed", sample.About(f))
 		}
 		for _, g := range []api.Grid{sample.Filled(2, 7-3i), f} {
 			if sample.Changed(g.Cells, func(cells []complex128) {
 				pack.Change(f, api.Grid{N: g.N, Cells: cells})
 				pack.Change(api.Grid{N: g.N, Cells: cells}, f)
 			}) {
-				t.Fatalf("%s by %s: changed", about(f), about(g))
+				t.Fatalf("%s by %s: changed", sample.About(f), sample.About(g))
 			}
 		}
 	}
@@ -54,7 +54,7 @@ func TestNothingIsChanged(t *testing.T) {
 			_, e := pack.Unpack(b)
 			count[e]++
 		}) {
-			t.Fatalf("% x is changed", start(b))
+			t.Fatalf("% x is changed", sample.Start(b))
 		}
 	}
 	if min(count[api.OK], count[api.ErrArg], count[api.ErrPack]) == 0 {
@@ -70,7 +70,7 @@ func TestAnswersAreNew(t *testing.T) {
 			b, _ := pack.Pack(of(cells))
 			return b
 		}); with != "" {
-			t.Fatalf("%s: Pack shares memory with %s", about(f), with)
+			t.Fatalf("%s: Pack shares memory with %s", sample.About(f), with)
 		}
 		for _, other := range []api.Grid{of(make([]complex128, len(f.Cells))), f} {
 			for name, call := range map[string]func(g, h api.Grid) (api.Grid, api.Errno){
@@ -81,7 +81,7 @@ func TestAnswersAreNew(t *testing.T) {
 					c, _ := call(of(cells), other)
 					return c.Cells
 				}); with != "" {
-					t.Fatalf("%s is %s: Change shares memory with %s", about(f), name, with)
+					t.Fatalf("%s is %s: Change shares memory with %s", sample.About(f), name, with)
 				}
 			}
 		}
@@ -91,7 +91,7 @@ func TestAnswersAreNew(t *testing.T) {
 			f, _ := pack.Unpack(b)
 			return f.Cells
 		}); with != "" {
-			t.Fatalf("% x: Unpack shares memory with %s", start(b), with)
+			t.Fatalf("% x: Unpack shares memory with %s", sample.Start(b), with)
 		}
 	}
 }
@@ -99,16 +99,16 @@ func TestAnswersAreNew(t *testing.T) {
 // P1, rule 5: calls at the same time do not show in each other's answers.
 func TestAtTheSameTime(t *testing.T) {
 	d := sample.Dice(245)
-	for _, f := range fields(9, &d) {
+	for _, f := range d.Fields(9) {
 		_, b := packed(f)
 		if !sample.Alone(func() []byte { b, _ := pack.Pack(f); return b }) {
-			t.Errorf("%s: Pack answers otherwise beside itself", about(f))
+			t.Errorf("%s: Pack answers otherwise beside itself", sample.About(f))
 		}
 		if !sample.Alone(func() []complex128 { f, _ := pack.Unpack(b); return f.Cells }) {
-			t.Errorf("%s: Unpack answers otherwise beside itself", about(f))
+			t.Errorf("%s: Unpack answers otherwise beside itself", sample.About(f))
 		}
 		if !sample.Alone(func() []complex128 { c, _ := pack.Change(f, sample.Numbered(9)); return c.Cells }) {
-			t.Errorf("%s: Change answers otherwise beside itself", about(f))
+			t.Errorf("%s: Change answers otherwise beside itself", sample.About(f))
 		}
 	}
 }

@@ -17,30 +17,30 @@ func TestExamples(t *testing.T) {
 		f    api.Grid
 		want []byte
 	}{
-		{one(3 - 1i), []byte{2, 1, 6, 1}},
-		{one(0.5), []byte{1, 1, 0x3f, 0, 0, 0, 0, 0, 0, 0}},
-		{one(0.1), []byte{0, 1, 0x3f, 0xb9, 0x99, 0x99, 0x99, 0x99, 0x99, 0x9a, 0, 0, 0, 0, 0, 0, 0, 0}},
+		{sample.One(3 - 1i), []byte{2, 1, 6, 1}},
+		{sample.One(0.5), []byte{1, 1, 0x3f, 0, 0, 0, 0, 0, 0, 0}},
+		{sample.One(0.1), []byte{0, 1, 0x3f, 0xb9, 0x99, 0x99, 0x99, 0x99, 0x99, 0x9a, 0, 0, 0, 0, 0, 0, 0, 0}},
 		{field(300, 301, 301, 300), []byte{2, 2, 0xd8, 4, 0, 2, 0, 0, 0, 1, 0}},
-		{one(0), []byte{2, 1, 0, 0}},
-		{one(-1i), []byte{2, 1, 0, 1}},
-		{one(63 - 64i), []byte{2, 1, 126, 127}},
-		{one(64 - 65i), []byte{2, 1, 0x80, 1, 0x81, 1}},
+		{sample.One(0), []byte{2, 1, 0, 0}},
+		{sample.One(-1i), []byte{2, 1, 0, 1}},
+		{sample.One(63 - 64i), []byte{2, 1, 126, 127}},
+		{sample.One(64 - 65i), []byte{2, 1, 0x80, 1, 0x81, 1}},
 		{field(1-2i, 3i, 3i, -5+3i), []byte{2, 2, 2, 3, 1, 10, 0, 0, 9, 0}},
-		{one(complex(minus, -2.5)), []byte{1, 1, 0x80, 0, 0, 0, 0xc0, 0x20, 0, 0}},
-		{one(complex(math.Inf(1), math.Inf(-1))), []byte{1, 1, 0x7f, 0x80, 0, 0, 0xff, 0x80, 0, 0}},
-		{one(complex(math.Float64frombits(0xfff123456789abcd), minus)), []byte{0, 1, 0xff, 0xf1, 0x23, 0x45, 0x67, 0x89, 0xab, 0xcd, 0x80, 0, 0, 0, 0, 0, 0, 0}},
+		{sample.One(complex(minus, -2.5)), []byte{1, 1, 0x80, 0, 0, 0, 0xc0, 0x20, 0, 0}},
+		{sample.One(complex(math.Inf(1), math.Inf(-1))), []byte{1, 1, 0x7f, 0x80, 0, 0, 0xff, 0x80, 0, 0}},
+		{sample.One(complex(math.Float64frombits(0xfff123456789abcd), minus)), []byte{0, 1, 0xff, 0xf1, 0x23, 0x45, 0x67, 0x89, 0xab, 0xcd, 0x80, 0, 0, 0, 0, 0, 0, 0}},
 		// 2^31 is 2^32 folded, and -2^31 is 2^32 - 1: ten bytes, two more than a complex64 has; one of them that no float32 keeps, and there is no such way.
-		{one(complex(1<<31, -1<<31)), []byte{1, 1, 0x4f, 0, 0, 0, 0xcf, 0, 0, 0}},
-		{one(complex(1<<31, 1-1<<31)), []byte{2, 1, 0x80, 0x80, 0x80, 0x80, 0x10, 0xfd, 0xff, 0xff, 0xff, 0x0f}},
+		{sample.One(complex(1<<31, -1<<31)), []byte{1, 1, 0x4f, 0, 0, 0, 0xcf, 0, 0, 0}},
+		{sample.One(complex(1<<31, 1-1<<31)), []byte{2, 1, 0x80, 0x80, 0x80, 0x80, 0x10, 0xfd, 0xff, 0xff, 0xff, 0x0f}},
 	} {
 		if b, e := pack.Pack(c.f); e != api.OK || !bytes.Equal(b, c.want) {
-			t.Errorf("%s: Pack: % x, error %d, not % x", about(c.f), b, e, c.want)
+			t.Errorf("%s: Pack: % x, error %d, not % x", sample.About(c.f), b, e, c.want)
 		}
 		if w, e := pack.Way(c.f); e != api.OK || w != int(c.want[0]) {
-			t.Errorf("%s: Way: %d, error %d", about(c.f), w, e)
+			t.Errorf("%s: Way: %d, error %d", sample.About(c.f), w, e)
 		}
 		if f, e := pack.Unpack(c.want); e != api.OK || !sample.SameField(f, c.f) {
-			t.Errorf("Unpack(% x): %s, error %d", c.want, about(f), e)
+			t.Errorf("Unpack(% x): %s, error %d", c.want, sample.About(f), e)
 		}
 		checkField(t, c.f)
 		taken(t, c.want)
@@ -67,9 +67,9 @@ func checkFields(t *testing.T, list []api.Grid, least int) {
 // P21.1: at every pair of parts at the bounds of the ways.
 func TestEveryPart(t *testing.T) {
 	var list []api.Grid
-	for _, x := range edges() {
-		for _, y := range edges() {
-			list = append(list, one(complex(x, y)))
+	for _, x := range sample.PackBounds() {
+		for _, y := range sample.PackBounds() {
+			list = append(list, sample.One(complex(x, y)))
 		}
 	}
 	checkFields(t, list, 1000)
@@ -80,7 +80,7 @@ func TestFields(t *testing.T) {
 	d := sample.Dice(231)
 	var list []api.Grid
 	for n := 1; n <= 64; n++ {
-		list = append(list, fields(n, &d)...)
+		list = append(list, d.Fields(n)...)
 	}
 	checkFields(t, list, 400)
 }
@@ -93,9 +93,9 @@ func TestOneCellBars(t *testing.T) {
 		from int        // the way ahead of it and the one behind
 		to   int
 	}{
-		{5, 0.5, 2, 1}, {5, 0.1, 2, 0}, {5, sample.MinusNought(), 2, 1}, {5, 1<<31 + 256, 2, 1}, {5, 1<<31 + 1, 2, 0}, {5, 1<<31 + 0.5, 2, 0}, {5, math.Inf(-1), 2, 1}, {5, nans()[0], 2, 0}, {5, -1<<31 - 256, 2, 1}, {5, -1<<31 - 1, 2, 0},
-		{0.5, 0.1, 1, 0}, {0.5, nans()[5], 1, 0}, {0.5, 1<<24 + 1, 1, 0}, {0.5, 0x1p-150, 1, 0}, {0.5, 0x1p128, 1, 0}, {0.5, 0x1.ffffffp127, 1, 0}, {0.5, math.MaxFloat64, 1, 0}, {0.5, 1 + 0x1p-24, 1, 0},
-		{5, 1 << 31, 2, 2}, {5, -1 << 31, 2, 2}, {5, 1<<31 - 1, 2, 2}, {0.5, math.MaxFloat32, 1, 1}, {0.5, -0x1p-149, 1, 1}, {0.5, math.Inf(1), 1, 1}, {0.1, 3, 0, 0}, {0.1, nans()[1], 0, 0},
+		{5, 0.5, 2, 1}, {5, 0.1, 2, 0}, {5, sample.MinusNought(), 2, 1}, {5, 1<<31 + 256, 2, 1}, {5, 1<<31 + 1, 2, 0}, {5, 1<<31 + 0.5, 2, 0}, {5, math.Inf(-1), 2, 1}, {5, sample.NaNs()[0], 2, 0}, {5, -1<<31 - 256, 2, 1}, {5, -1<<31 - 1, 2, 0},
+		{0.5, 0.1, 1, 0}, {0.5, sample.NaNs()[5], 1, 0}, {0.5, 1<<24 + 1, 1, 0}, {0.5, 0x1p-150, 1, 0}, {0.5, 0x1p128, 1, 0}, {0.5, 0x1.ffffffp127, 1, 0}, {0.5, math.MaxFloat64, 1, 0}, {0.5, 1 + 0x1p-24, 1, 0},
+		{5, 1 << 31, 2, 2}, {5, -1 << 31, 2, 2}, {5, 1<<31 - 1, 2, 2}, {0.5, math.MaxFloat32, 1, 1}, {0.5, -0x1p-149, 1, 1}, {0.5, math.Inf(1), 1, 1}, {0.1, 3, 0, 0}, {0.1, sample.NaNs()[1], 0, 0},
 	}
 	for _, n := range []int{2, 3, 8, 21, 64} {
 		for _, c := range bars {
@@ -148,7 +148,7 @@ func TestGroups(t *testing.T) {
 			for _, ahead := range []int{1<<24 + 1, -1<<24 - 1, 1<<28 + 3} {
 				f := field(complex(float64(ahead), 0), complex(float64(ahead+c.d), 0), complex(float64(ahead+c.d), 0), complex(float64(ahead+c.d), 0))
 				checkField(t, f)
-				first, _ := pack.Pack(one(complex(float64(ahead), 0)))
+				first, _ := pack.Pack(sample.One(complex(float64(ahead), 0)))
 				b, _ := pack.Pack(f)
 				if len(b) != len(first)+c.want+5 {
 					t.Fatalf("from %d by %d: %d bytes, not %d groups", ahead, c.d, len(b), c.want)
@@ -168,8 +168,8 @@ func TestEquallyMany(t *testing.T) {
 	}{
 		{complex(four, four), 1}, {complex(four, -four), 1}, {complex(four, three), 2}, {complex(three, four), 2}, {complex(five, four), 1}, {complex(-five, three), 1}, {complex(three, five), 1}, {complex(five, 1<<7), 2}, {complex(five, 1), 2}, {complex(1<<27-8, -1<<27), 1}, {complex(1<<20-1, -1<<27), 2},
 	} {
-		checkField(t, one(c.cell))
-		if way, e := pack.Way(one(c.cell)); e != api.OK || way != c.want {
+		checkField(t, sample.One(c.cell))
+		if way, e := pack.Way(sample.One(c.cell)); e != api.OK || way != c.want {
 			t.Errorf("%v: way %d, error %d, not %d", c.cell, way, e, c.want)
 		}
 		// Cells by turns with 0 have the same differences all along.
@@ -220,7 +220,7 @@ func unlike(f, g api.Grid) api.Grid {
 func checkChange(t *testing.T, f, g api.Grid) {
 	t.Helper()
 	if got, e := pack.Change(f, g); e != api.OK || !sample.SameField(got, unlike(f, g)) {
-		t.Fatalf("Change(%s, %s): %s, error %d", about(f), about(g), about(got), e)
+		t.Fatalf("Change(%s, %s): %s, error %d", sample.About(f), sample.About(g), sample.About(got), e)
 	}
 }
 
@@ -234,13 +234,13 @@ func TestChange(t *testing.T) {
 		{complex(of(0x7ff0000000000001), of(0xffffffffffffffff)), complex(of(0x7ff0000000000002), of(0x7fffffffffffffff)), complex(of(3), of(1<<63))},
 		{complex(of(0x1234), of(0x7ff8000000000000)), complex(of(0x7ff8000000000000), of(0x4321)), complex(of(0x7ff8000000001234), of(0x7ff8000000004321))},
 	} {
-		if got, e := pack.Change(one(c.f), one(c.g)); e != api.OK || !sample.SameField(got, one(c.want)) {
-			t.Errorf("Change(%v, %v): %s, error %d, not %v", c.f, c.g, about(got), e, c.want)
+		if got, e := pack.Change(sample.One(c.f), sample.One(c.g)); e != api.OK || !sample.SameField(got, sample.One(c.want)) {
+			t.Errorf("Change(%v, %v): %s, error %d, not %v", c.f, c.g, sample.About(got), e, c.want)
 		}
 	}
 	d := sample.Dice(232)
 	for n := 1; n <= 64; n++ {
-		list := fields(n, &d)
+		list := d.Fields(n)
 		for i, f := range list {
 			checkChange(t, f, list[(i*7+n)%len(list)])
 		}
