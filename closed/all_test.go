@@ -22,7 +22,7 @@ func oneByOne(t *testing.T, p api.Phantom, dirs []api.Dir) api.Sino {
 // P10.1: one after the other the projections that Project tells, in the order of the directions.
 func TestAll(t *testing.T) {
 	for _, n := range sample.Sides() {
-		all := phantoms(n)
+		all := sample.AllPhantoms(n)
 		for i, dirs := range sample.DirLists() {
 			for j := i; j < len(all); j += len(sample.DirLists()) * (1 + n/30) {
 				if s, e := closed.All(all[j], dirs); !sample.SameSino(right(t, s, e), oneByOne(t, all[j], dirs)) {

@@ -11,7 +11,7 @@ import (
 // P10.1: each bin by the rules.
 func TestChord(t *testing.T) {
 	for _, n := range []int{1, 2, 3, 13, 64} {
-		for _, p := range phantoms(n) {
+		for _, p := range sample.AllPhantoms(n) {
 			all := cells(p)
 			for _, d := range dirs(n) {
 				for bin, want := range projected(n, all, d).Bins {
@@ -41,7 +41,7 @@ func TestChordRefused(t *testing.T) {
 		}
 	}
 	for _, n := range sample.Sides() {
-		for _, p := range []api.Phantom{{N: n}, sample.Phantom(n, sample.Many(16)...), bare(n)} {
+		for _, p := range []api.Phantom{{N: n}, sample.Phantom(n, sample.Many(16)...), sample.Bare(n)} {
 			for _, d := range none {
 				for _, bin := range []int{0, -1, n, 4096} {
 					v, e := closed.Chord(p, d, bin)
@@ -61,7 +61,7 @@ func TestChordRefused(t *testing.T) {
 // P10.1: sums over the cells, by the rules.
 func TestMoment(t *testing.T) {
 	for _, n := range sample.Sides() {
-		for _, p := range append(phantoms(n), sample.AnyPhantoms(n+64, 30)...) {
+		for _, p := range append(sample.AllPhantoms(n), sample.AnyPhantoms(n+64, 30)...) {
 			p.N = n
 			mx, my := moments(n, cells(p))
 			if x, y, e := closed.Moment(p); e != api.OK || !sameMoments(x, y, mx, my) {

@@ -54,7 +54,7 @@ func TestProjectWrittenOut(t *testing.T) {
 			t.Errorf("side %d along %v: %v, not %v", c.p.N, c.d, q.Bins, c.want)
 		}
 	}
-	if q, e := closed.Project(greatest(64)[6], api.Dir{P: 1, Q: 1}); right(t, q, e).Bins[63] != complex(1<<26, -1<<26) {
+	if q, e := closed.Project(sample.Brimful(64)[6], api.Dir{P: 1, Q: 1}); right(t, q, e).Bins[63] != complex(1<<26, -1<<26) {
 		t.Errorf("the greatest line: %v", q.Bins[63])
 	}
 }
@@ -62,7 +62,7 @@ func TestProjectWrittenOut(t *testing.T) {
 // P10.1: phantoms of every kind, along directions of every kind, by the rules.
 func TestProject(t *testing.T) {
 	for _, n := range sample.Sides() {
-		for _, p := range phantoms(n) {
+		for _, p := range sample.AllPhantoms(n) {
 			all := cells(p)
 			for _, d := range dirs(n) {
 				if q, e := closed.Project(p, d); !sample.SameProj(right(t, q, e), projected(n, all, d)) {
@@ -76,7 +76,7 @@ func TestProject(t *testing.T) {
 // P10.1: every direction there is.
 func TestProjectAllRound(t *testing.T) {
 	for _, n := range []int{1, 2, 5, 9} {
-		for _, p := range append(sample.AnyPhantoms(n, 3), waste(n)[5]) {
+		for _, p := range append(sample.AnyPhantoms(n, 3), sample.Waste(n)[5]) {
 			all := cells(p)
 			for _, d := range sample.Wheel() {
 				if q, e := closed.Project(p, d); !sample.SameProj(right(t, q, e), projected(n, all, d)) {
@@ -119,7 +119,7 @@ func TestProjectRefused(t *testing.T) {
 		}
 	}
 	for _, n := range sample.Sides() {
-		for _, p := range []api.Phantom{{N: n}, sample.Phantom(n, sample.Many(16)...), bare(n)} {
+		for _, p := range []api.Phantom{{N: n}, sample.Phantom(n, sample.Many(16)...), sample.Bare(n)} {
 			for _, d := range none {
 				q, e := closed.Project(p, d)
 				refused(t, "Project along no direction", noProj(q), e, api.ErrDir)

@@ -21,7 +21,7 @@ func some(n, i int) []api.Dir {
 // P10.2: Project tells what rays tell of the Raster, bit by bit, and Chord each bin of it.
 func TestClosedFormIsRays(t *testing.T) {
 	for _, n := range sample.Sides() {
-		for i, p := range append(phantoms(n), sample.AnyPhantoms(n+64, 10)...) {
+		for i, p := range append(sample.AllPhantoms(n), sample.AnyPhantoms(n+64, 10)...) {
 			p.N = n
 			g, e := phantom.Raster(p)
 			right(t, g, e)
@@ -46,7 +46,7 @@ func TestClosedFormIsRays(t *testing.T) {
 func TestManyAreRays(t *testing.T) {
 	for _, n := range sample.Sides() {
 		for i, dirs := range sample.DirLists() {
-			for _, p := range []api.Phantom{sample.Phantoms(n)[i], waste(n)[i%7], sample.AnyPhantoms(n, 20)[i]} {
+			for _, p := range []api.Phantom{sample.Phantoms(n)[i], sample.Waste(n)[i%7], sample.AnyPhantoms(n, 20)[i]} {
 				g, e := phantom.Raster(p)
 				byRays, e2 := ray.All(right(t, g, e), dirs, 1+i)
 				s, e := closed.All(p, dirs)
@@ -74,7 +74,7 @@ func TestRefusedAsRaysAre(t *testing.T) {
 // P10.1: the Moment's sums are those over the cells of layer 8's Raster.
 func TestMomentOfTheRaster(t *testing.T) {
 	for _, n := range sample.Sides() {
-		for _, p := range phantoms(n) {
+		for _, p := range sample.AllPhantoms(n) {
 			g, e := phantom.Raster(p)
 			right(t, g, e)
 			var all []pair
@@ -92,7 +92,7 @@ func TestMomentOfTheRaster(t *testing.T) {
 // P10.3: number times bin, over all bins, is Q*mx - P*my + m*Mass.
 func TestCentres(t *testing.T) {
 	for _, n := range sample.Sides() {
-		for i, p := range append(phantoms(n), sample.AnyPhantoms(n+128, 20)...) {
+		for i, p := range append(sample.AllPhantoms(n), sample.AnyPhantoms(n+128, 20)...) {
 			p.N = n
 			mx, my, e := closed.Moment(p)
 			mass, e2 := phantom.Mass(p)

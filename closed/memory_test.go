@@ -13,7 +13,7 @@ import (
 func TestPhantomsAreNotChanged(t *testing.T) {
 	var all []api.Phantom
 	for _, n := range sample.Sides() {
-		all = append(all, phantoms(n)...)
+		all = append(all, sample.AllPhantoms(n)...)
 	}
 	for i, f := range sample.Flaws() {
 		if i%5 == 0 && len(f.Phantom.Shapes) < 40 {
@@ -54,7 +54,7 @@ func TestDirsAreNotChanged(t *testing.T) {
 // P10.4: an answer is new memory, shared with no argument and no other answer, of before or of later; no two lists of one answer share any.
 func TestAnswersAreNew(t *testing.T) {
 	for _, n := range []int{1, 2, 13} {
-		for _, p := range phantoms(n) {
+		for _, p := range sample.AllPhantoms(n) {
 			dirs := sample.Wheel()[:20]
 			for _, d := range dirs[:4] {
 				shares := sample.Shared(nil, func([]complex128) []complex128 {

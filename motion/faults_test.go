@@ -30,7 +30,7 @@ func TestNoDirs(t *testing.T) {
 	for _, flaw := range sample.DirFlaws() {
 		many := len(flaw.Dirs)
 		for _, g := range []api.Grid{full, blank} {
-			for _, steps := range [][]api.Step{nil, make([]api.Step, many), make([]api.Step, many-1), make([]api.Step, many+1), same(api.Step{X: 1}, many), same(api.Step{X: math.MaxInt, Y: math.MinInt}, many)} {
+			for _, steps := range [][]api.Step{nil, make([]api.Step, many), make([]api.Step, many-1), make([]api.Step, many+1), sample.Same(api.Step{X: 1}, many), sample.Same(api.Step{X: math.MaxInt, Y: math.MinInt}, many)} {
 				checkTake(t, g, flaw.Dirs, steps, api.Sino{}, flaw.Want)
 			}
 		}
@@ -56,8 +56,8 @@ func TestNotAsManySteps(t *testing.T) {
 			for _, other := range notAsMany(len(dirs)) {
 				for _, g := range []api.Grid{full, blank} {
 					for _, step := range []api.Step{{}, {X: 1}, {Y: math.MinInt}} {
-						checkTake(t, g, dirs, same(step, other), api.Sino{}, api.ErrArg)
-						checkUndo(t, sample.Seen(g, dirs), same(step, other), api.Sino{}, api.ErrArg)
+						checkTake(t, g, dirs, sample.Same(step, other), api.Sino{}, api.ErrArg)
+						checkUndo(t, sample.Seen(g, dirs), sample.Same(step, other), api.Sino{}, api.ErrArg)
 					}
 				}
 			}
@@ -73,7 +73,7 @@ func TestNotAsManySteps(t *testing.T) {
 func TestNoProjections(t *testing.T) {
 	for i, flaw := range sample.SinoFlaws() {
 		many := len(flaw.Sino.Projs)
-		for _, steps := range [][]api.Step{make([]api.Step, many), nil, make([]api.Step, many+1), same(api.Step{X: 3, Y: -1}, many), same(api.Step{X: math.MinInt, Y: math.MaxInt}, many)} {
+		for _, steps := range [][]api.Step{make([]api.Step, many), nil, make([]api.Step, many+1), sample.Same(api.Step{X: 3, Y: -1}, many), sample.Same(api.Step{X: math.MinInt, Y: math.MaxInt}, many)} {
 			if i%7 == 0 || many < 10 {
 				checkUndo(t, flaw.Sino, steps, api.Sino{}, flaw.Want)
 			}

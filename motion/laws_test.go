@@ -36,7 +36,7 @@ func TestMotionTakenOut(t *testing.T) {
 	for n := 1; n <= 64; n++ {
 		for _, dirs := range lists(n, &d) {
 			for _, g := range grids(n, &d) {
-				steps := walk(g, len(dirs), &d)
+				steps := d.Walk(g, len(dirs))
 				seen, want := take(t, g, dirs, steps), still(t, g, dirs)
 				if !sample.SameSino(seen, want) {
 					unlike++
@@ -59,11 +59,11 @@ func TestOneCellEverywhere(t *testing.T) {
 			for to := range n * n {
 				step := api.Step{X: to%n - place%n, Y: to/n - place/n}
 				dirs := d.Picked(sample.Wheel(), 5)
-				seen := take(t, g, dirs, same(step, 5))
+				seen := take(t, g, dirs, sample.Same(step, 5))
 				if !sample.SameSino(seen, still(t, dot(n, to%n, to/n, 9-4i), dirs)) {
 					t.Fatalf("side %d: from %d to %d: not seen there", n, place, to)
 				}
-				checkUndo(t, seen, same(step, 5), still(t, g, dirs), api.OK)
+				checkUndo(t, seen, sample.Same(step, 5), still(t, g, dirs), api.OK)
 			}
 		}
 	}
@@ -76,7 +76,7 @@ func TestBinsMoveOn(t *testing.T) {
 	for n := 1; n <= 64; n += 1 + n/5 {
 		for _, dirs := range lists(n, &d) {
 			for _, g := range grids(n, &d) {
-				steps := walk(g, len(dirs), &d)
+				steps := d.Walk(g, len(dirs))
 				seen := take(t, g, dirs, steps)
 				for i, p := range still(t, g, dirs).Projs {
 					by := p.Dir.Q*steps[i].X - p.Dir.P*steps[i].Y
@@ -103,7 +103,7 @@ func somethings(n int, along api.Dir, d *sample.Dice) []api.Proj {
 	for _, part := range []func() float64{d.UpTo(9), d.UpTo(api.MaxBin), d.Near, d.Between(-1074, 1024), d.Tiny, d.UpTo(1)} {
 		for range 3 {
 			bins := edged(many, d, part)
-			bins[upTo(many-1, d)] = complex(part(), 1)
+			bins[d.Number(many-1)] = complex(part(), 1)
 			out = append(out, api.Proj{Dir: along, Bins: bins})
 		}
 	}
@@ -121,7 +121,7 @@ func TestThereAndBack(t *testing.T) {
 			}
 			for _, p := range somethings(n, along, &d) {
 				many := len(p.Bins)
-				for _, k := range append(shoves(many), upTo(many, &d), -upTo(many, &d), 3, -3, 4, -4, many/4, -many/4) {
+				for _, k := range append(shoves(many), d.Number(many), -d.Number(many), 3, -3, 4, -4, many/4, -many/4) {
 					there, e := motion.Slide(n, p, k)
 					if e != api.OK {
 						continue
@@ -158,10 +158,10 @@ func TestNoSteps(t *testing.T) {
 	for _, n := range sample.Sides() {
 		for i, g := range sample.Grids(n) {
 			dirs := sample.DirLists()[i%11]
-			checkTake(t, g, dirs, same(api.Step{}, len(dirs)), still(t, g, dirs), api.OK)
+			checkTake(t, g, dirs, sample.Same(api.Step{}, len(dirs)), still(t, g, dirs), api.OK)
 		}
 		for _, s := range sample.Sinos(n) {
-			checkUndo(t, s, same(api.Step{}, len(s.Projs)), s, api.OK)
+			checkUndo(t, s, sample.Same(api.Step{}, len(s.Projs)), s, api.OK)
 		}
 		for _, list := range bins(sample.BinCount(n, api.Dir{P: -3, Q: 5}), &d) {
 			p := api.Proj{Dir: api.Dir{P: -3, Q: 5}, Bins: list}

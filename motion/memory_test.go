@@ -23,8 +23,8 @@ func some() []job {
 	for _, n := range []int{1, 2, 5} {
 		for i, dirs := range sample.DirLists() {
 			g := grids(n, &d)[i%7]
-			way := walk(g, len(dirs), &d)
-			out = append(out, job{g, dirs, way}, job{g, dirs, same(api.Step{}, len(dirs))}, job{g, dirs, astray(g, way, &d)}, job{g, dirs, anySteps(n, len(dirs), &d)}, job{g, dirs, append(way, api.Step{X: 7})})
+			way := d.Walk(g, len(dirs))
+			out = append(out, job{g, dirs, way}, job{g, dirs, sample.Same(api.Step{}, len(dirs))}, job{g, dirs, d.Astray(g, way)}, job{g, dirs, d.AnySteps(n, len(dirs))}, job{g, dirs, append(way, api.Step{X: 7})})
 		}
 		for i, flaw := range sample.DirFlaws() {
 			if i%40 == 0 {
@@ -78,7 +78,7 @@ func TestUndoChangesNothing(t *testing.T) {
 	count := map[api.Errno]int{}
 	for _, s := range append(sample.FewSinos(), sample.FewFlaws()...) {
 		many := len(s.Projs)
-		for _, steps := range [][]api.Step{same(api.Step{}, many), same(api.Step{X: 1, Y: -1}, many), anySteps(3, many, &d), make([]api.Step, many+1)} {
+		for _, steps := range [][]api.Step{sample.Same(api.Step{}, many), sample.Same(api.Step{X: 1, Y: -1}, many), d.AnySteps(3, many), make([]api.Step, many+1)} {
 			well := held(nil, steps, func(_ []api.Dir, steps []api.Step) {
 				if sample.ChangedSino(s, func(same api.Sino) {
 					_, e := motion.Undo(same, steps)
@@ -161,7 +161,7 @@ func TestUndoneIsNew(t *testing.T) {
 	told := 0
 	for _, s := range sample.FewSinos() {
 		many := len(s.Projs)
-		for _, steps := range [][]api.Step{same(api.Step{}, many), same(api.Step{X: 1, Y: -1}, many), anySteps(3, many, &d)} {
+		for _, steps := range [][]api.Step{sample.Same(api.Step{}, many), sample.Same(api.Step{X: 1, Y: -1}, many), d.AnySteps(3, many)} {
 			if _, e := motion.Undo(s, steps); e != api.OK {
 				continue
 			}
@@ -208,7 +208,7 @@ func TestSlidIsNew(t *testing.T) {
 func TestAtTheSameTime(t *testing.T) {
 	d := sample.Dice(227)
 	g, dirs := boxed(13, &d, d.Whole), sample.Dirs()
-	steps := walk(g, len(dirs), &d)
+	steps := d.Walk(g, len(dirs))
 	seen := take(t, g, dirs, steps)
 	every := func(s api.Sino) []complex128 {
 		var out []complex128

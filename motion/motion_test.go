@@ -25,9 +25,9 @@ func TestExamples(t *testing.T) {
 	seen, still := two([]complex128{5, 0}, []complex128{5, 0}), two([]complex128{0, 5}, []complex128{0, 5})
 	checkTake(t, g, dirs, steps, seen, api.OK)
 	checkUndo(t, seen, steps, still, api.OK)
-	checkTake(t, g, dirs, same(api.Step{X: 1}, 2), api.Sino{}, api.ErrLost)
+	checkTake(t, g, dirs, sample.Same(api.Step{X: 1}, 2), api.Sino{}, api.ErrLost)
 	checkTake(t, g, dirs, []api.Step{{}, {X: 1}}, api.Sino{}, api.ErrLost)
-	checkTake(t, g, dirs, same(api.Step{}, 2), still, api.OK)
+	checkTake(t, g, dirs, sample.Same(api.Step{}, 2), still, api.OK)
 	p := sample.Proj(1, 0, 0, 5)
 	checkSlide(t, 2, p, -1, sample.Proj(1, 0, 5, 0), api.OK)
 	checkSlide(t, 2, p, 1, api.Proj{}, api.ErrLost)
@@ -48,11 +48,11 @@ func TestExamples(t *testing.T) {
 		}
 		return out
 	}
-	checkTake(t, g, slopes, same(api.Step{}, 2), of(1, 0), api.OK)
-	checkTake(t, g, slopes, same(api.Step{X: 1}, 2), of(3, 2), api.OK)
-	checkTake(t, g, slopes, same(api.Step{Y: 1}, 2), of(0, 1), api.OK)
-	checkTake(t, g, slopes, same(api.Step{X: 1, Y: 1}, 2), of(2, 3), api.OK)
-	checkUndo(t, of(3, 2), same(api.Step{X: 1}, 2), of(1, 0), api.OK)
+	checkTake(t, g, slopes, sample.Same(api.Step{}, 2), of(1, 0), api.OK)
+	checkTake(t, g, slopes, sample.Same(api.Step{X: 1}, 2), of(3, 2), api.OK)
+	checkTake(t, g, slopes, sample.Same(api.Step{Y: 1}, 2), of(0, 1), api.OK)
+	checkTake(t, g, slopes, sample.Same(api.Step{X: 1, Y: 1}, 2), of(2, 3), api.OK)
+	checkUndo(t, of(3, 2), sample.Same(api.Step{X: 1}, 2), of(1, 0), api.OK)
 	checkUndo(t, of(3, 3), []api.Step{{X: 1, Y: -1}, {X: 1, Y: 1}}, of(0, 0), api.OK)
 	checkUndo(t, of(0, 0), []api.Step{{X: -1, Y: 1}, {X: -1, Y: -1}}, of(3, 3), api.OK)
 	checkUndo(t, of(3, 2), []api.Step{{X: 1}, {X: 1, Y: 1}}, api.Sino{}, api.ErrLost)
@@ -67,8 +67,8 @@ func TestTake(t *testing.T) {
 	for n := 1; n <= 64; n++ {
 		for _, dirs := range lists(n, &d) {
 			for _, g := range grids(n, &d) {
-				way := walk(g, len(dirs), &d)
-				for _, steps := range [][]api.Step{way, same(api.Step{}, len(dirs)), astray(g, way, &d), anySteps(n, len(dirs), &d)} {
+				way := d.Walk(g, len(dirs))
+				for _, steps := range [][]api.Step{way, sample.Same(api.Step{}, len(dirs)), d.Astray(g, way), d.AnySteps(n, len(dirs))} {
 					want, e := taken(g, dirs, steps)
 					checkTake(t, g, dirs, steps, want, e)
 					count[e]++
@@ -93,7 +93,7 @@ func TestTakeByTheLayersBelow(t *testing.T) {
 			dirs = d.Picked(sample.Wheel(), 64)
 		}
 		for _, g := range grids(n, &d) {
-			steps := walk(g, len(dirs), &d)
+			steps := d.Walk(g, len(dirs))
 			want := api.Sino{N: n}
 			for i, along := range dirs {
 				there, e := grid.Shift(g, steps[i].X, steps[i].Y)
@@ -114,8 +114,8 @@ func TestCellsAtTheEdge(t *testing.T) {
 	for n := 1; n <= 4; n++ {
 		for place := range n * n {
 			g := dot(n, place%n, place/n, values[(place+n)%len(values)])
-			for _, x := range append(reaches(n), 2, -2, 3, -3) {
-				for _, y := range append(reaches(n), 2, -2, 3, -3) {
+			for _, x := range append(sample.Reaches(n), 2, -2, 3, -3) {
+				for _, y := range append(sample.Reaches(n), 2, -2, 3, -3) {
 					dirs, steps := []api.Dir{{P: 1}, {P: -2, Q: 3}}, []api.Step{{}, {X: x, Y: y}}
 					want, e := taken(g, dirs, steps)
 					checkTake(t, g, dirs, steps, want, e)
@@ -152,7 +152,7 @@ func TestNothingToLose(t *testing.T) {
 	for _, n := range sample.Sides() {
 		blank := sample.Filled(n, 0)
 		for _, dirs := range sample.DirLists() {
-			steps := anySteps(n, len(dirs), &d)
+			steps := d.AnySteps(n, len(dirs))
 			checkTake(t, blank, dirs, steps, sample.Seen(blank, dirs), api.OK)
 			checkUndo(t, sample.Seen(blank, dirs), steps, sample.Seen(blank, dirs), api.OK)
 		}
@@ -183,7 +183,7 @@ func TestLostThoughUnseen(t *testing.T) {
 func TestOneStepAstray(t *testing.T) {
 	g, dirs := dot(3, 1, 1, 7), sample.Wheel()[:64]
 	for place := range dirs {
-		steps := same(api.Step{X: 1, Y: -1}, 64)
+		steps := sample.Same(api.Step{X: 1, Y: -1}, 64)
 		steps[place] = []api.Step{{X: 2}, {X: -2}, {Y: 2}, {Y: -2}}[place%4]
 		checkTake(t, g, dirs, steps, api.Sino{}, api.ErrLost)
 		steps[place] = api.Step{X: -1, Y: 1}
@@ -203,11 +203,11 @@ func TestUndo(t *testing.T) {
 		for _, dirs := range lists(n, &d) {
 			for _, g := range grids(n, &d) {
 				s := sample.Seen(g, dirs)
-				way := walk(g, len(dirs), &d)
+				way := d.Walk(g, len(dirs))
 				for i := range way { // what would undo such a step
 					way[i] = api.Step{X: -way[i].X, Y: -way[i].Y}
 				}
-				for _, steps := range [][]api.Step{way, same(api.Step{}, len(dirs)), astray(g, way, &d), anySteps(n, len(dirs), &d)} {
+				for _, steps := range [][]api.Step{way, sample.Same(api.Step{}, len(dirs)), d.Astray(g, way), d.AnySteps(n, len(dirs))} {
 					want, e := undone(s, steps)
 					checkUndo(t, s, steps, want, e)
 					count[e]++
@@ -218,7 +218,7 @@ func TestUndo(t *testing.T) {
 			if n > 4 && i%3 != 0 {
 				continue
 			}
-			for _, steps := range [][]api.Step{same(api.Step{X: 1, Y: -2}, len(s.Projs)), anySteps(n, len(s.Projs), &d)} {
+			for _, steps := range [][]api.Step{sample.Same(api.Step{X: 1, Y: -2}, len(s.Projs)), d.AnySteps(n, len(s.Projs))} {
 				want, e := undone(s, steps)
 				checkUndo(t, s, steps, want, e)
 				count[e]++
@@ -325,7 +325,7 @@ func bins(many int, d *sample.Dice) [][]complex128 {
 	}
 	for _, v := range []complex128{5, complex(0, math.Inf(-1)), complex(math.NaN(), 0), complex(sample.MinusNought(), 0x1p-1074), 1 << 40} {
 		one := d.List(many, d.Sign)
-		one[upTo(many-1, d)] = v
+		one[d.Number(many-1)] = v
 		out = append(out, one)
 	}
 	return out
@@ -481,7 +481,7 @@ func TestDrift(t *testing.T) {
 				if b, e := slidBy(a, by); e == api.OK {
 					check(a, b)
 					check(b, a)
-					b.Bins[upTo(many-1, &d)] = complex(d.UpTo(1)(), 0)
+					b.Bins[d.Number(many-1)] = complex(d.UpTo(1)(), 0)
 					check(a, b)
 				}
 			}

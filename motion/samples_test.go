@@ -4,7 +4,6 @@ import (
 	"fmt"
 	"math"
 	"math/big"
-	"slices"
 	"testing"
 
 	"penumbra/api"
@@ -12,13 +11,10 @@ import (
 	"penumbra/sample"
 )
 
-// upTo: from 0 to most.
-func upTo(most int, d *sample.Dice) int { return int(d.Word() % uint64(most+1)) }
-
 // boxed: a grid whose cells that aren't 0 lie in a part of it, so that it may be moved; the part is drawn, and its cells are as part tells them.
 func boxed(n int, d *sample.Dice, part func() float64) api.Grid {
-	left, top := upTo(n-1, d), upTo(n-1, d)
-	right, bottom := left+upTo(n-1-left, d), top+upTo(n-1-top, d)
+	left, top := d.Number(n-1), d.Number(n-1)
+	right, bottom := left+d.Number(n-1-left), top+d.Number(n-1-top)
 	g := sample.Filled(n, 0)
 	for y := top; y <= bottom; y++ {
 		for x := left; x <= right; x++ {
@@ -36,73 +32,9 @@ func grids(n int, d *sample.Dice) []api.Grid {
 	all := sample.Grids(n)
 	return []api.Grid{
 		boxed(n, d, d.UpTo(9)), boxed(n, d, d.Whole), boxed(n, d, d.UpTo(1)), boxed(n, d, d.Extreme),
-		dot(n, upTo(n-1, d), upTo(n-1, d), 5-1i), all[0], all[upTo(len(all)-1, d)],
+		dot(n, d.Number(n-1), d.Number(n-1), 5-1i), all[0], all[d.Number(len(all)-1)],
 	}
 }
-
-// room: the least and the greatest step each way with which every cell that isn't 0 stays in the grid; as far as the side where there is none.
-func room(g api.Grid) (least, most api.Step) {
-	least, most = api.Step{X: -g.N, Y: -g.N}, api.Step{X: g.N, Y: g.N}
-	for j, v := range g.Cells {
-		if x, y := j%g.N, j/g.N; v != 0 {
-			least = api.Step{X: max(least.X, -x), Y: max(least.Y, -y)}
-			most = api.Step{X: min(most.X, g.N-1-x), Y: min(most.Y, g.N-1-y)}
-		}
-	}
-	return least, most
-}
-
-// walk: so many steps with which nothing is lost, the furthest ones among them.
-func walk(g api.Grid, many int, d *sample.Dice) []api.Step {
-	least, most := room(g)
-	between := func(low, high int) int {
-		return []int{low, high, low + upTo(high-low, d), low + upTo(high-low, d)}[upTo(3, d)]
-	}
-	out := make([]api.Step, many)
-	for i := range out {
-		out[i] = api.Step{X: between(least.X, most.X), Y: between(least.Y, most.Y)}
-	}
-	return out
-}
-
-// astray: the steps, but that one of them goes a step too far, one way or another.
-func astray(g api.Grid, steps []api.Step, d *sample.Dice) []api.Step {
-	if len(steps) == 0 {
-		return steps
-	}
-	least, most := room(g)
-	out := slices.Clone(steps)
-	at := &out[upTo(len(out)-1, d)]
-	switch upTo(3, d) {
-	case 0:
-		at.X = least.X - 1
-	case 1:
-		at.X = most.X + 1
-	case 2:
-		at.Y = least.Y - 1
-	case 3:
-		at.Y = most.Y + 1
-	}
-	return out
-}
-
-// reaches: how far a step may go: not at all, one, about the side, and as far as an int goes.
-func reaches(n int) []int {
-	return append(sample.Ends(), 0, 0, 0, 1, -1, n-1, 1-n, n, -n, n+1, -n-1, 2*n, 64*n)
-}
-
-// anySteps: so many, of all lengths.
-func anySteps(n, many int, d *sample.Dice) []api.Step {
-	all := reaches(n)
-	out := make([]api.Step, many)
-	for i := range out {
-		out[i] = api.Step{X: all[upTo(len(all)-1, d)], Y: all[upTo(len(all)-1, d)]}
-	}
-	return out
-}
-
-// same: one step so many times.
-func same(s api.Step, many int) []api.Step { return slices.Repeat([]api.Step{s}, many) }
 
 // unit: a step for which Q*X - P*Y is 1; there is one, since P and Q have no divisor in common.
 func unit(d api.Dir) api.Step {
@@ -152,8 +84,8 @@ func lists(n int, d *sample.Dice) [][]api.Dir {
 // edged: bins with some at both ends that are noughts, with and without a sign, so that they may be moved on; the others are as part tells them.
 func edged(many int, d *sample.Dice, part func() float64) []complex128 {
 	out := d.List(many, d.Sign)
-	from := upTo(many-1, d)
-	for i := from; i <= from+upTo(many-1-from, d); i++ {
+	from := d.Number(many - 1)
+	for i := from; i <= from+d.Number(many-1-from); i++ {
 		out[i] = complex(part(), part())
 	}
 	return out

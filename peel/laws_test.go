@@ -18,7 +18,7 @@ import (
 
 // lists: of directions for grids of side n, of which some leave cells open and some don't.
 func lists(n int, d *sample.Dice) [][]api.Dir {
-	most := enough(n, d)
+	most := d.Enough(n)
 	return [][]api.Dir{nil, most, most[:len(most)-1], most[1:], d.Picked(sample.Short(), 3), d.Picked(sample.Dirs(), 4), d.Picked(sample.Wheel(), 2), sample.Wheel()[n : n+12]}
 }
 
@@ -59,7 +59,7 @@ func TestJustTheseProjections(t *testing.T) {
 	told := 0
 	for k := range 4000 {
 		n := 1 + k%5
-		dirs := enough(n, &d)
+		dirs := d.Enough(n)
 		if k%4 == 0 {
 			dirs = d.Picked(sample.Short(), 3)
 		}
@@ -86,7 +86,7 @@ func TestBackToTheRaster(t *testing.T) {
 	d := sample.Dice(149)
 	for _, n := range sample.Sides() {
 		for _, p := range sample.Phantoms(n) {
-			dirs := enough(n, &d)
+			dirs := d.Enough(n)
 			s, e := closed.All(p, dirs)
 			right(t, s, e)
 			raster, e := phantom.Raster(p)

@@ -52,7 +52,7 @@ func TestDirsAreNotChanged(t *testing.T) {
 func TestGridsAreNew(t *testing.T) {
 	d := sample.Dice(154)
 	for _, n := range []int{1, 2, 3, 8, 64} {
-		s := sample.Seen(sample.Grids(n)[5], enough(n, &d))
+		s := sample.Seen(sample.Grids(n)[5], d.Enough(n))
 		if n == 1 {
 			s = one(3 - 2i) // a bin that is the whole grid
 		}

@@ -91,7 +91,7 @@ func TestSolve(t *testing.T) {
 			grids = grids[n%13 : n%13+1]
 		}
 		for _, g := range grids {
-			dirs := enough(n, &d)
+			dirs := d.Enough(n)
 			s := sample.Seen(g, dirs)
 			all := []api.Sino{s, off(s, &d, 1, d.UpTo(3)), sample.Seen(g, dirs[:len(dirs)-1])}
 			if n <= 10 {
@@ -120,7 +120,7 @@ func TestOrderOfSteps(t *testing.T) {
 	byLast, byAny, byTurn := 0, 0, 0
 	for k := range 6000 {
 		n := 2 + k%4
-		dirs := enough(n, &d)
+		dirs := d.Enough(n)
 		if k%3 == 0 {
 			dirs = once(append(dirs, d.Picked(sample.Short(), 3)...))
 		}
@@ -201,7 +201,7 @@ func TestBigAtEachStep(t *testing.T) {
 	d := sample.Dice(143)
 	for _, n := range []int{2, 3, 5, 8} {
 		for range 4 {
-			dirs := enough(n, &d)
+			dirs := d.Enough(n)
 			for place := range n * n {
 				for _, v := range []complex128{api.MaxPart + 1, complex(3, -api.MaxPart-1)} {
 					g := sample.With(api.Grid{N: n, Cells: d.List(n*n, d.UpTo(50))}, place, v)
@@ -244,7 +244,7 @@ func TestClash(t *testing.T) {
 	d, empty := sample.Dice(145), 0
 	for _, n := range []int{1, 2, 3, 6} {
 		for range 6 {
-			dirs := once(append(d.Picked(sample.Dirs(), 5), enough(n, &d)...))
+			dirs := once(append(d.Picked(sample.Dirs(), 5), d.Enough(n)...))
 			s := sample.Seen(api.Grid{N: n, Cells: d.List(n*n, d.UpTo(300))}, dirs)
 			solves(t, about(s), s, api.OK)
 			for place, lines := range linesOf(n, dirs) {

@@ -11,23 +11,6 @@ import (
 	"penumbra/sample"
 )
 
-// enough: directions that determine every grid of side n: few and long ones, or many and short ones.
-func enough(n int, d *sample.Dice) []api.Dir {
-	from := sample.Wheel()
-	if d.Word()%2 == 0 && n <= 20 {
-		from = sample.Short()
-	}
-	all := d.Picked(from, len(from))
-	across, down := 0, 0
-	for many, along := range all {
-		across, down = across+max(along.P, -along.P), down+along.Q
-		if across >= n || down >= n {
-			return all[:many+1]
-		}
-	}
-	return all
-}
-
 // small: lists of directions for grids of small sides: none, one, and some of a few steps, many of which leave cells open.
 func small() [][]api.Dir {
 	out := [][]api.Dir{nil, {}, sample.Short(), sample.Dirs()}

@@ -1,4 +1,4 @@
-// Package sample gives the tests of all layers their numbers, directions, grids, phantoms and projections: ordinary ones, edges, and any bits, always the same ones in the same order, so that a failure comes again. The program itself does not import it.
+// Package sample gives the tests of all layers their numbers, directions, grids, phantoms, projections and steps: ordinary ones, edges, and any bits, always the same ones in the same order, so that a failure comes again. The program itself does not import it.
 package sample
 
 import (
@@ -18,6 +18,9 @@ func (d *Dice) Word() uint64 {
 	z = (z ^ z>>27) * 0x94d049bb133111eb
 	return z ^ z>>31
 }
+
+// Number: a whole one from 0 to most.
+func (d *Dice) Number(most int) int { return int(d.Word() % uint64(most+1)) }
 
 // List: n numbers, each part as part tells it.
 func (d *Dice) List(n int, part func() float64) []complex128 {

@@ -90,6 +90,23 @@ func (d *Dice) Picked(all []api.Dir, many int) []api.Dir {
 	return out
 }
 
+// Enough: directions that determine every grid of side n, and without the last of them don't: few and long ones, or many and short ones.
+func (d *Dice) Enough(n int) []api.Dir {
+	from := Wheel()
+	if d.Word()%2 == 0 && n <= 18 { // the short ones have 18 steps each way
+		from = Short()
+	}
+	all := d.Picked(from, len(from))
+	across, down := 0, 0
+	for many, along := range all {
+		across, down = across+max(along.P, -along.P), down+along.Q
+		if across >= n || down >= n {
+			return all[:many+1]
+		}
+	}
+	return all
+}
+
 // Orders: all of them, of a list.
 func Orders(dirs []api.Dir) [][]api.Dir {
 	if len(dirs) == 0 {

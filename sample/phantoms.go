@@ -45,6 +45,47 @@ func AnyPhantoms(n, many int) []api.Phantom {
 	return out
 }
 
+// Bare: shapes of every kind that have no cell in a field of view of side n, near its edges and far away.
+func Bare(n int) api.Phantom {
+	return Phantom(n,
+		Rect(n, 0, 5, 5, 7), Rect(0, n, 5, 5, -7i), Rect(-5, 0, 5, 64, 65536), Rect(0, -1024, 1024, 1024, -65536),
+		Disc(-1, -1, 1, 9), Disc(n, n, 1, -9+2i), Disc(-1, n, 0, 5), Disc(1024, -1024, 1024*1024, 3),
+		Wedge(-5, 0, 5, 5, 11), Wedge(-2, -2, 3, 3, -11i), Wedge(n, n-1, 1024, 1024, 65536i), Wedge(1024, 1024, 1024, 1024, 1),
+	)
+}
+
+// Waste: shapes over each other whose worths cancel out in some cells, in some lines, or in all of them.
+func Waste(n int) []api.Phantom {
+	left, right := Rect(0, 0, (n+1)/2, n, 3-2i), Rect(n/2, 0, (n+1)/2, n, -3+2i)
+	return []api.Phantom{
+		Phantom(n, Rect(0, 0, n, n, -1), Rect(0, 0, n, n, 1)),
+		Phantom(n, Disc(n/2, n/2, n, 65536-65536i), Disc(n/2, n/2, n, -65536+65536i)),
+		Phantom(n, Wedge(0, 0, n, n, -5i), Wedge(0, 0, n, n, 3i), Wedge(0, 0, n, n, 2i)),
+		Phantom(n, left, right),
+		Phantom(n, Rect(0, 0, 1, 1, -4), Rect(n-1, n-1, 1, 1, 4)),
+		Phantom(n, Rect(0, 0, n, n, -7i), Disc(0, 0, n*n, 7i), Wedge(-1, -1, n, 2*n, 7)),
+		Phantom(n, Rect(0, 0, n, n, 0), Disc(0, 0, 4, -1)),
+	}
+}
+
+// Brimful: 16 times the greatest worth in all cells, each sign in both parts.
+func Brimful(n int) []api.Phantom {
+	var out []api.Phantom
+	for _, worth := range []complex128{65536, -65536, 65536i, -65536i, 65536 + 65536i, -65536 + 65536i, 65536 - 65536i, -65536 - 65536i} {
+		all := make([]api.Shape, 16)
+		for i := range all {
+			all[i] = []api.Shape{Rect(-i, -1, 1024, 1024, worth), Disc(i, 3, 1024*1024, worth), Wedge(-1, -i, 1024, 1024, worth)}[i%3]
+		}
+		out = append(out, api.Phantom{N: n, Shapes: all})
+	}
+	return out
+}
+
+// AllPhantoms: sound ones of side n, of every kind.
+func AllPhantoms(n int) []api.Phantom {
+	return slices.Concat(Phantoms(n), []api.Phantom{Bare(n)}, Waste(n), Brimful(n))
+}
+
 // A Flaw is a phantom that isn't sound, with the error that is to be told of it.
 type Flaw struct {
 	Phantom api.Phantom

@@ -7,6 +7,8 @@ import (
 
 	"penumbra/api"
 	"penumbra/dir"
+	"penumbra/grid"
+	"penumbra/motion"
 	"penumbra/phantom"
 	"penumbra/ray"
 	"penumbra/sample"
@@ -175,6 +177,11 @@ func TestPhantomsAgree(t *testing.T) {
 			t.Errorf("%v is not told from %v", q, p)
 		}
 	}
+	for _, p := range slices.Concat(sample.AllPhantoms(1), sample.AllPhantoms(64)) {
+		if phantom.Check(p) != api.OK {
+			t.Fatalf("%v is no phantom", p)
+		}
+	}
 	for _, f := range sample.Flaws() {
 		if phantom.Check(f.Phantom) != f.Want {
 			t.Fatalf("%v is no phantom of error %d", f.Phantom, f.Want)
@@ -242,6 +249,45 @@ func TestPickedAndOrders(t *testing.T) {
 		if len(seen) != count {
 			t.Errorf("%d orders of %d", len(seen), many)
 		}
+	}
+}
+
+// Enough determines every grid of that side, and not without its last direction.
+func TestEnough(t *testing.T) {
+	d := sample.Dice(2)
+	for n := 1; n <= 64; n++ {
+		for range 10 {
+			dirs := d.Enough(n)
+			all, e := dir.Katz(n, dirs)
+			but, e2 := dir.Katz(n, dirs[:len(dirs)-1])
+			if e != api.OK || e2 != api.OK || !all || but || len(dirs) > api.MaxDirs {
+				t.Fatalf("side %d, %v: %v, without the last %v", n, dirs, all, but)
+			}
+		}
+	}
+}
+
+// A walk loses nothing, one that goes astray does, and the room is no wider.
+func TestStepsAreRight(t *testing.T) {
+	d := sample.Dice(3)
+	for _, n := range sample.Sides() {
+		for i, g := range append(sample.Grids(n), sample.With(sample.Filled(n, 0), n*n/2, 7i)) {
+			dirs := d.Picked(sample.Wheel(), 1+i)
+			steps := d.Walk(g, len(dirs))
+			if _, e := motion.Take(g, dirs, steps); e != api.OK {
+				t.Fatalf("side %d, %v: error %d", n, steps, e)
+			}
+			_, e := motion.Take(g, dirs, d.Astray(g, steps))
+			if _, _, found := grid.Box(g); found != (e == api.ErrLost) {
+				t.Fatalf("side %d: astray error %d", n, e)
+			}
+			if many := len(d.AnySteps(n, i)); many != i {
+				t.Fatalf("%d steps, not %d", many, i)
+			}
+		}
+	}
+	if !slices.Equal(sample.Same(api.Step{X: 1, Y: -2}, 2), []api.Step{{X: 1, Y: -2}, {X: 1, Y: -2}}) || len(d.Astray(sample.Numbered(2), nil)) != 0 {
+		t.Error("Same, or astray without a step")
 	}
 }
 
