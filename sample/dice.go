@@ -1,4 +1,4 @@
-// Package sample gives the tests of all layers their numbers, directions, grids, phantoms, projections and steps: ordinary ones, edges, and any bits, always the same ones in the same order, so that a failure comes again. The program itself does not import it.
+// Package sample gives the tests of all layers their numbers, directions, grids, phantoms, projections, steps and missing places: ordinary ones, edges, and any bits, always the same ones in the same order, so that a failure comes again. The program itself does not import it.
 package sample
 
 import (

@@ -306,3 +306,28 @@ func TestLaidFaults(t *testing.T) {
 		}
 	}
 }
+
+// What is scanned is sound: phantoms of the side, lists of directions without a fault, missing places that rise.
+func TestPlansAreRight(t *testing.T) {
+	d := sample.Dice(4)
+	for n := 1; n <= 64; n++ {
+		for range 8 {
+			if p := d.Thing(n); p.N != n || phantom.Check(p) != api.OK {
+				t.Fatalf("%v is no phantom of side %d", p, n)
+			}
+		}
+		for _, dirs := range d.Fans(n) {
+			if _, e := dir.Katz(n, dirs); e != api.OK || len(dirs) > api.MaxDirs {
+				t.Fatalf("side %d, %v: error %d", n, dirs, e)
+			}
+			for _, missing := range d.Missings(len(dirs)) {
+				if !slices.IsSorted(missing) || len(slices.Compact(slices.Clone(missing))) != len(missing) || len(missing) > 0 && (missing[0] < 0 || missing[len(missing)-1] >= len(dirs)) {
+					t.Fatalf("%v are no places of %d", missing, len(dirs))
+				}
+			}
+		}
+	}
+	if !slices.Equal(sample.Count(3), []int{0, 1, 2}) || len(sample.Count(0)) != 0 || !slices.Equal(sample.Without(sample.Short(), sample.Short()[1:]), sample.Short()[:1]) {
+		t.Error("Count, or Without")
+	}
+}

@@ -11,14 +11,14 @@ import (
 
 // notRising: lists that are no missing places of so many directions: one that is below 0, or too great, or an end of int, alone, ahead of others and behind them; such that fall, and such that stand twice.
 func notRising(many int) [][]int {
-	out := [][]int{{-1}, {many}, {many + 1}, {-1, 0}, {0, 0}, {-2, -1}, {many, many + 1}, {math.MaxInt, math.MinInt}, {math.MinInt, math.MaxInt}, {many - 1, many}, append(count(many), many), append([]int{-1}, count(many)...), append(count(many), many-1), append(count(many), 0), count(many + 1), count(70000), make([]int, 2), make([]int, 70000)}
+	out := [][]int{{-1}, {many}, {many + 1}, {-1, 0}, {0, 0}, {-2, -1}, {many, many + 1}, {math.MaxInt, math.MinInt}, {math.MinInt, math.MaxInt}, {many - 1, many}, append(sample.Count(many), many), append([]int{-1}, sample.Count(many)...), append(sample.Count(many), many-1), append(sample.Count(many), 0), sample.Count(many + 1), sample.Count(70000), make([]int, 2), make([]int, 70000)}
 	for _, end := range sample.Ends() {
-		out = append(out, []int{end}, []int{0, end}, []int{end, many - 1}, append(count(many), end))
+		out = append(out, []int{end}, []int{0, end}, []int{end, many - 1}, append(sample.Count(many), end))
 	}
 	for place := range many {
 		out = append(out, []int{place, place}, []int{place, -1}, []int{-1, place}, []int{place, many}, []int{place, place, place})
 		if place > 0 {
-			out = append(out, []int{place, 0}, []int{place, place - 1}, []int{0, place, place - 1}, []int{0, place, place}, []int{0, place, 0}, append([]int{place}, count(many)...))
+			out = append(out, []int{place, 0}, []int{place, place - 1}, []int{0, place, place - 1}, []int{0, place, place}, []int{0, place, 0}, append([]int{place}, sample.Count(many)...))
 		}
 	}
 	return out
@@ -73,7 +73,7 @@ func TestNoDirs(t *testing.T) {
 				{Dirs: flaw.Dirs},
 				{Dirs: flaw.Dirs, Missing: []int{1, 0}, Workers: 1},
 				{Dirs: flaw.Dirs, Missing: []int{many}, Workers: 1},
-				{Dirs: flaw.Dirs, Missing: count(min(many, 66)), Workers: 1},
+				{Dirs: flaw.Dirs, Missing: sample.Count(min(many, 66)), Workers: 1},
 				{Dirs: flaw.Dirs, Steps: make([]api.Step, many), Workers: 1},
 				{Dirs: flaw.Dirs, Steps: make([]api.Step, many+1), Workers: 1},
 				{Dirs: flaw.Dirs, Steps: sample.Same(api.Step{Y: 1}, many), Workers: 1},
@@ -102,7 +102,7 @@ func TestMissingDirsCount(t *testing.T) {
 		{[]api.Dir{good, good, none}, []int{1, 2}, api.ErrTwice},
 		{[]api.Dir{good, none, good}, []int{1, 2}, api.ErrDir},
 		{sample.Wheel()[:65], []int{64}, api.ErrLong},
-		{sample.Wheel()[:65], count(65), api.ErrLong},
+		{sample.Wheel()[:65], sample.Count(65), api.ErrLong},
 	} {
 		refused(t, half(), api.Plan{Dirs: c.dirs, Missing: c.missing, Workers: 2}, c.want)
 	}
@@ -138,7 +138,7 @@ func TestNotAsManySteps(t *testing.T) {
 			for _, step := range []api.Step{{}, {X: -1}, {Y: math.MinInt}} {
 				for _, workers := range []int{1, 16, 0, 17, math.MaxInt} {
 					refused(t, half(), api.Plan{Dirs: dirs, Steps: sample.Same(step, other), Workers: workers}, api.ErrPlan)
-					refused(t, half(), api.Plan{Dirs: dirs, Missing: some(many, &d), Steps: sample.Same(step, other), Workers: workers}, api.ErrPlan)
+					refused(t, half(), api.Plan{Dirs: dirs, Missing: d.Some(many), Steps: sample.Same(step, other), Workers: workers}, api.ErrPlan)
 				}
 			}
 		}
@@ -159,7 +159,7 @@ func TestNoWorkers(t *testing.T) {
 	for _, workers := range noWorkers() {
 		for _, dirs := range fine() {
 			many := len(dirs)
-			for _, missing := range missings(many, &d) {
+			for _, missing := range d.Missings(many) {
 				for _, steps := range [][]api.Step{nil, make([]api.Step, many), sample.Same(api.Step{X: 1}, many), sample.Same(api.Step{Y: -1}, many), sample.Same(api.Step{X: math.MinInt, Y: math.MaxInt}, many)} {
 					refused(t, half(), api.Plan{Dirs: dirs, Missing: missing, Steps: steps, Workers: workers}, api.ErrArg)
 				}
@@ -172,7 +172,7 @@ func TestNoWorkers(t *testing.T) {
 func TestNoFault(t *testing.T) {
 	for workers := 1; workers <= 16; workers++ {
 		for choice := range 1 << 5 {
-			missing := slices.DeleteFunc(count(5), func(place int) bool { return choice>>place&1 == 0 })
+			missing := slices.DeleteFunc(sample.Count(5), func(place int) bool { return choice>>place&1 == 0 })
 			for _, steps := range [][]api.Step{nil, {}, make([]api.Step, 5)} {
 				r, e := checkRun(t, half(), api.Plan{Dirs: sample.Short()[:5], Missing: missing, Steps: steps, Workers: workers})
 				if e != api.OK || len(r.Left) != len(missing) || len(r.Sino.Projs) != 5-len(missing) {
@@ -189,7 +189,7 @@ func TestFaultsTogether(t *testing.T) {
 	flaws, dirFlaws, good, wrong := sample.Flaws(), sample.DirFlaws(), fine(), notRising(3)
 	told := map[api.Errno]int{}
 	for range 10000 {
-		p, dirs := within(1+d.Number(4), &d), good[d.Number(len(good)-2)]
+		p, dirs := d.Within(1+d.Number(4)), good[d.Number(len(good)-2)]
 		if d.Number(7) == 0 {
 			p = flaws[d.Number(len(flaws)-1)].Phantom
 		}
@@ -198,7 +198,7 @@ func TestFaultsTogether(t *testing.T) {
 			dirs = all[d.Number(len(all)-1)].Dirs
 		}
 		many := len(dirs)
-		plan := api.Plan{Dirs: dirs, Missing: some(many, &d), Workers: 1 + d.Number(15)}
+		plan := api.Plan{Dirs: dirs, Missing: d.Some(many), Workers: 1 + d.Number(15)}
 		if d.Number(3) == 0 {
 			plan.Missing = wrong[d.Number(len(wrong)-1)]
 		}

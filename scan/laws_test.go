@@ -17,9 +17,9 @@ func TestTheWholeOfIt(t *testing.T) {
 	d := sample.Dice(240)
 	whole, none, runs := 0, 0, 0
 	for n := 1; n <= 64; n++ {
-		for _, dirs := range lists(n, &d) {
-			for _, missing := range [][]int{nil, some(len(dirs), &d)} {
-				p := thing(n, &d)
+		for _, dirs := range d.Fans(n) {
+			for _, missing := range [][]int{nil, d.Some(len(dirs))} {
+				p := d.Thing(n)
 				raster, _ := phantom.Raster(p)
 				steps := [][]api.Step{nil, make([]api.Step, len(dirs)), hushed(d.Walk(raster, len(dirs)), missing, &d)}[runs%3]
 				runs++
@@ -54,9 +54,9 @@ func TestMotionDoesNotShow(t *testing.T) {
 	d := sample.Dice(241)
 	for _, n := range []int{1, 2, 3, 6, 11, 24, 47, 64} {
 		for range 4 {
-			p, dirs := within(n, &d), d.Enough(n)
+			p, dirs := d.Within(n), d.Enough(n)
 			raster, _ := phantom.Raster(p)
-			missing := some(len(dirs), &d)
+			missing := d.Some(len(dirs))
 			want := run(t, p, api.Plan{Dirs: dirs, Missing: missing, Workers: 1})
 			for workers := 1; workers <= 16; workers++ {
 				told(t, p, api.Plan{Dirs: dirs, Missing: missing, Steps: d.Walk(raster, len(dirs)), Workers: workers}, want, api.OK)
@@ -71,14 +71,14 @@ func TestLeftEnoughOpen(t *testing.T) {
 	for n := 1; n <= 64; n++ {
 		for range 6 {
 			dirs := d.Picked(sample.Wheel(), 1+d.Number(12))
-			plan := api.Plan{Dirs: dirs, Missing: some(len(dirs), &d), Workers: 3}
+			plan := api.Plan{Dirs: dirs, Missing: d.Some(len(dirs)), Workers: 3}
 			var left []api.Dir
 			for _, place := range plan.Missing {
 				left = append(left, dirs[place])
 			}
 			enough, _ := dir.Katz(n, others(plan))
 			open, _ := peel.Left(n, others(plan))
-			for _, p := range []api.Phantom{thing(n, &d), {N: n}} {
+			for _, p := range []api.Phantom{d.Thing(n), {N: n}} {
 				r := run(t, p, plan)
 				if !slices.Equal(r.Left, left) || r.Enough != enough || r.Open != open {
 					t.Fatalf("%s: %v left, %v, %d open, not %v, %v, %d", about(p, plan), r.Left, r.Enough, r.Open, left, enough, open)
@@ -105,8 +105,8 @@ func TestOneMoreMissing(t *testing.T) {
 	for _, n := range []int{1, 2, 3, 4, 5, 8, 13, 20, 33, 64} {
 		for k, dirs := range [][]api.Dir{d.Enough(n), d.Picked(sample.Short(), 7), d.Picked(sample.Wheel(), 8), sample.Short()[:6], slices.Concat(d.Enough(n), []api.Dir{{P: 16, Q: 11}})} {
 			dirs = slices.Compact(slices.SortedFunc(slices.Values(dirs), dir.Cmp))
-			p := within(n, &d)
-			for _, missing := range missings(len(dirs), &d) {
+			p := d.Within(n)
+			for _, missing := range d.Missings(len(dirs)) {
 				before := look(p, api.Plan{Dirs: dirs, Missing: missing, Workers: 1 + k})
 				for place := range dirs {
 					if slices.Contains(missing, place) {
@@ -135,7 +135,7 @@ func TestMoreAndMoreMissing(t *testing.T) {
 	d := sample.Dice(244)
 	for _, n := range []int{1, 2, 5, 12, 31, 64} {
 		for range 3 {
-			p, dirs := within(n, &d), d.Picked(sample.Wheel(), 14)
+			p, dirs := d.Within(n), d.Picked(sample.Wheel(), 14)
 			var missing []int
 			before := 0
 			for range len(dirs) + 1 {
@@ -147,7 +147,7 @@ func TestMoreAndMoreMissing(t *testing.T) {
 				if len(missing) == len(dirs) {
 					break
 				}
-				rest := slices.DeleteFunc(count(len(dirs)), func(place int) bool { return slices.Contains(missing, place) })
+				rest := slices.DeleteFunc(sample.Count(len(dirs)), func(place int) bool { return slices.Contains(missing, place) })
 				missing = slices.Sorted(slices.Values(append(slices.Clone(missing), rest[d.Number(len(rest)-1)])))
 			}
 			if before != n*n {

@@ -34,11 +34,11 @@ func TestLeast(t *testing.T) {
 	never, at, wheel := 0, map[int]int{}, sample.Wheel()
 	for n := 1; n <= 64; n++ {
 		for range 5 {
-			p, enough := thing(n, &d), d.Enough(n)
+			p, enough := d.Thing(n), d.Enough(n)
 			many := len(enough)
 			checkLeast(t, p, enough, many, api.OK)
 			checkLeast(t, p, enough[:many-1], -1, api.OK)
-			more := without(wheel, enough)
+			more := sample.Without(wheel, enough)
 			checkLeast(t, p, slices.Concat(enough, d.Picked(more, 5)), many, api.OK)
 			for _, dirs := range [][]api.Dir{enough, slices.Concat(d.Picked(more, 2), enough), d.Picked(sample.Short(), 1+d.Number(11)), d.Picked(wheel, 1+d.Number(9)), nil} {
 				want, e := needed(p, dirs)
@@ -63,7 +63,7 @@ func TestLeastIsEnough(t *testing.T) {
 	d := sample.Dice(239)
 	for n := 1; n <= 64; n += 1 + n/10 {
 		for range 4 {
-			p, dirs := within(n, &d), d.Picked(sample.Wheel(), 20)
+			p, dirs := d.Within(n), d.Picked(sample.Wheel(), 20)
 			many, e := scan.Least(p, dirs)
 			if e != api.OK {
 				t.Fatalf("side %d, %v: error %d", n, dirs, e)
@@ -74,7 +74,7 @@ func TestLeastIsEnough(t *testing.T) {
 				}
 			}
 			for _, k := range []int{max(many-1, 0), max(many, 0)} {
-				missing := count(len(dirs))[k:]
+				missing := sample.Count(len(dirs))[k:]
 				if r := run(t, p, api.Plan{Dirs: dirs, Missing: missing, Workers: 4}); (r.Open == 0) != (many >= 0 && k >= many) {
 					t.Fatalf("side %d, %v: %d, but of the first %d %d are open", n, dirs, many, k, r.Open)
 				}

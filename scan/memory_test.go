@@ -21,9 +21,9 @@ func jobs() []job {
 	d := sample.Dice(245)
 	var out []job
 	for _, n := range []int{1, 2, 5, 16} {
-		for _, dirs := range lists(n, &d) {
-			for _, missing := range missings(len(dirs), &d) {
-				p := thing(n, &d)
+		for _, dirs := range d.Fans(n) {
+			for _, missing := range d.Missings(len(dirs)) {
+				p := d.Thing(n)
 				for _, steps := range ways(p, len(dirs), &d) {
 					out = append(out, job{p, api.Plan{Dirs: dirs, Missing: missing, Steps: steps, Workers: 1 + d.Number(15)}})
 				}
@@ -189,7 +189,7 @@ func TestAnswersAreNew(t *testing.T) {
 // P1, rule 5: calls at the same time do not show in each other's answers, and nothing is kept from one to the next.
 func TestAtTheSameTime(t *testing.T) {
 	d := sample.Dice(246)
-	p, dirs := within(13, &d), sample.Dirs()
+	p, dirs := d.Within(13), sample.Dirs()
 	raster, _ := phantom.Raster(p)
 	missing := []int{0, 4, 19}
 	every := func(r api.Report, e api.Errno) []complex128 {

@@ -80,9 +80,9 @@ func TestRun(t *testing.T) {
 	count, runs := map[api.Errno]int{}, 0
 	solved, open, moved := 0, 0, 0
 	for n := 1; n <= 64; n++ {
-		for _, dirs := range lists(n, &d) {
-			for _, missing := range missings(len(dirs), &d) {
-				p := thing(n, &d)
+		for _, dirs := range d.Fans(n) {
+			for _, missing := range d.Missings(len(dirs)) {
+				p := d.Thing(n)
 				all := ways(p, len(dirs), &d)
 				for k, steps := range all {
 					if n > 12 && d.Number(3+n/16) != 0 {
@@ -118,10 +118,10 @@ func TestRunOfAllPhantoms(t *testing.T) {
 	d := sample.Dice(232)
 	for _, n := range []int{1, 2, 3, 7, 16} {
 		for i, p := range sample.AllPhantoms(n) {
-			dirs := lists(n, &d)[2+i%5]
+			dirs := d.Fans(n)[2+i%5]
 			for _, steps := range ways(p, len(dirs), &d) {
 				checkRun(t, p, api.Plan{Dirs: dirs, Steps: steps, Workers: 1 + i%16})
-				checkRun(t, p, api.Plan{Dirs: dirs, Missing: some(len(dirs), &d), Steps: steps, Workers: 1 + i%16})
+				checkRun(t, p, api.Plan{Dirs: dirs, Missing: d.Some(len(dirs)), Steps: steps, Workers: 1 + i%16})
 			}
 		}
 	}
@@ -138,8 +138,8 @@ func TestWorkersDoNotShow(t *testing.T) {
 		}
 		for _, many := range many {
 			dirs := d.Picked(sample.Wheel(), many)
-			for _, missing := range missings(many, &d) {
-				p := thing(n, &d)
+			for _, missing := range d.Missings(many) {
+				p := d.Thing(n)
 				all := ways(p, many, &d)
 				steps := all[d.Number(len(all)-1)]
 				plan := api.Plan{Dirs: dirs, Missing: missing, Steps: steps, Workers: 1}
@@ -161,10 +161,10 @@ func TestWorkersDoNotShow(t *testing.T) {
 func TestTheSameEachTime(t *testing.T) {
 	d := sample.Dice(234)
 	for _, n := range []int{1, 4, 9} {
-		p, dirs := within(n, &d), d.Picked(sample.Wheel(), 40)
+		p, dirs := d.Within(n), d.Picked(sample.Wheel(), 40)
 		raster, _ := phantom.Raster(p)
 		for _, steps := range [][]api.Step{nil, d.Walk(raster, 40), d.Astray(raster, d.Walk(raster, 40))} {
-			plan := api.Plan{Dirs: dirs, Missing: some(40, &d), Steps: steps}
+			plan := api.Plan{Dirs: dirs, Missing: d.Some(40), Steps: steps}
 			plan.Workers = 1
 			want, e := ruled(p, plan)
 			for range 20 {
@@ -241,6 +241,6 @@ func TestOneStepTooFar(t *testing.T) {
 		}
 	}
 	// All of them are missing, so none is.
-	plan := api.Plan{Dirs: dirs, Missing: count(64), Steps: sample.Same(api.Step{X: math.MinInt}, 64), Workers: 16}
+	plan := api.Plan{Dirs: dirs, Missing: sample.Count(64), Steps: sample.Same(api.Step{X: math.MinInt}, 64), Workers: 16}
 	told(t, p, plan, api.Report{Sino: api.Sino{N: 5}, Left: dirs, Open: 25}, api.OK)
 }
